@@ -1,0 +1,169 @@
+// Package whole tests the promises of the whole (P0.1 to P0.6) on scripts of all kinds of calls, made from seeds.
+package whole
+
+import (
+	"math/rand"
+	"strconv"
+	"testing"
+
+	"warder/api"
+	"warder/linear"
+	"warder/machine"
+	"warder/model"
+	"warder/request"
+)
+
+func randomIndex(r *rand.Rand) api.Index {
+	k := []api.KeyType{1, 1, 1, 2, 3, 4, 4, 4}[r.Intn(8)]
+	return api.Index{Type: k, Desc: string("abcdef"[r.Intn(4)])}
+}
+
+func randomID(r *rand.Rand) api.Serial {
+	if r.Intn(3) == 0 {
+		return api.Serial(-1 - r.Intn(4))
+	}
+	return api.Serial(1 + r.Intn(12))
+}
+
+func randomCall(r *rand.Rand) api.Call {
+	id := func() api.Serial { return randomID(r) }
+	x := randomIndex(r)
+	pay := string(make([]byte, 1+r.Intn(60)))
+	if r.Intn(2) == 0 {
+		pay = strconv.Itoa(r.Intn(1000000))
+	}
+	if x.Type == api.TypeRing {
+		pay = ""
+	}
+	switch r.Intn(30) {
+	case 0, 1, 2, 3, 4, 5, 6:
+		return api.Call{Op: api.OpAdd, Ring: id(), Index: x, Payload: pay}
+	case 7:
+		return api.Call{Op: api.OpRequest, Index: x}
+	case 8:
+		return api.Call{Op: api.OpSearch, Ring: id(), Index: x}
+	case 9, 10:
+		return api.Call{Op: api.OpRead, Key: id()}
+	case 11, 12:
+		return api.Call{Op: api.OpUpdate, Key: id(), Payload: pay + "x"}
+	case 13:
+		return api.Call{Op: api.OpDescribe, Key: id()}
+	case 14, 15, 16:
+		return api.Call{Op: api.OpLink, Key: id(), Ring: id()}
+	case 17, 18:
+		return api.Call{Op: api.OpUnlink, Key: id(), Ring: id()}
+	case 19, 20:
+		return api.Call{Op: api.OpMove, Key: id(), Ring: id(), To: id()}
+	case 21:
+		return api.Call{Op: api.OpClear, Ring: id()}
+	case 22:
+		return api.Call{Op: api.OpSetPerm, Key: id(), Perm: api.Perm(r.Uint32()) & 0x3f3f3f3f}
+	case 23:
+		return api.Call{Op: api.OpChown, Key: id(), UID: r.Intn(3), GID: r.Intn(3)}
+	case 24:
+		return api.Call{Op: api.OpTimeout, Key: id(), Time: uint64(r.Intn(4))}
+	case 25:
+		if r.Intn(2) == 0 {
+			return api.Call{Op: api.OpRevoke, Key: id()}
+		}
+		return api.Call{Op: api.OpRestrict, Ring: id(), Restrict: api.Restriction(1 + r.Intn(5))}
+	case 26:
+		return api.Call{Op: api.OpInvalidate, Key: id()}
+	case 27:
+		return api.Call{Op: api.OpJoin, Index: api.Index{Type: api.TypeRing, Desc: "s" + strconv.Itoa(r.Intn(3))}}
+	}
+	return api.Call{Op: api.OpGet, Key: api.Serial(-1 - r.Intn(4)), Create: r.Intn(5) > 0}
+}
+
+func randomScript(seed int64) api.Script {
+	r := rand.New(rand.NewSource(seed))
+	c := api.Config{Keys: 3 + r.Intn(20), Nodes: 10 + r.Intn(80), Extents: 2 + r.Intn(40), Count: uint64(2 + r.Intn(14)), Bytes: uint64(60 + r.Intn(900))}
+	if r.Intn(3) == 0 {
+		c.Keys, c.Nodes, c.Extents, c.Count, c.Bytes = 30, 512, 512, 30, 5000
+	}
+	tasks := 1 + r.Intn(4)
+	near := 1 + r.Intn(3)
+	for range tasks {
+		c.Creds = append(c.Creds, api.Cred{UID: r.Intn(near), GID: r.Intn(near), Proc: r.Intn(near)})
+	}
+	s := api.Script{Config: c}
+	many := 20 + r.Intn(60)
+	for i := range many {
+		x := randomCall(r)
+		for i < many/3 && x.Op != api.OpAdd && x.Op != api.OpGet {
+			x = randomCall(r)
+		}
+		if near == 1 && x.Op == api.OpAdd && r.Intn(2) == 0 {
+			x.Index, x.Payload = api.Index{Type: api.TypeRing, Desc: "r" + strconv.Itoa(r.Intn(9))}, ""
+		}
+		if i < tasks {
+			x = api.Call{Op: api.OpGet, Key: -3, Create: true}
+		}
+		b, e := request.Bytes(x)
+		if e != api.OK || r.Intn(40) == 0 {
+			b = []byte{byte(r.Intn(20)), 1, 2}
+		}
+		s.Requests = append(s.Requests, api.Request{Task: r.Intn(tasks), Draw: uint64(r.Intn(12)), Bytes: string(b)})
+		if i < tasks {
+			s.Requests[i].Task = i
+		}
+	}
+	ticks, sweeps := r.Intn(40), 1+r.Intn(6)
+	at := 0
+	for range 300 + r.Intn(600) {
+		if r.Intn(3) == 0 {
+			at = r.Intn(tasks)
+		}
+		a := api.Act{Kind: api.ActStep, Task: at}
+		if r.Intn(40) < 1 && ticks > 10 {
+			a = api.Act{Kind: api.ActTick}
+		} else if r.Intn(8) < sweeps-3 {
+			a = api.Act{Kind: api.ActCollect}
+		}
+		s.Acts = append(s.Acts, a)
+	}
+	return s
+}
+
+// plain is what a vault's view has in common with a model's.
+func plain(m *machine.Machine) []api.KeyView {
+	var l []api.KeyView
+	for _, k := range m.Vault().View().Keys {
+		if k.Record.Dead {
+			continue
+		}
+		k.Record.In, k.Record.Ver, k.Record.Content = 0, 0, 0
+		var links []api.Serial
+		for _, s := range k.Links {
+			if _, is := m.Vault().Key(s); is {
+				links = append(links, s)
+			}
+		}
+		k.Links = links
+		l = append(l, k)
+	}
+	return l
+}
+
+func replay(t *testing.T, s api.Script, m *machine.Machine) *model.Model {
+	h := m.History()
+	x, _ := model.New(s.Config)
+	for _, i := range linear.ByEnds(h) {
+		d, r := h[i], s.Requests[h[i].Request]
+		for x.Now() < d.Time {
+			x.Tick()
+		}
+		c, e := request.Of([]byte(r.Bytes))
+		draw := r.Draw
+		if (c.Op == api.OpAdd || c.Op == api.OpGet || c.Op == api.OpJoin) && d.Response.Code == api.OK {
+			draw = uint64(d.Response.Value - 1)
+		}
+		if e == api.OK && d.Response.Code != api.ErrFull {
+			x.Do(d.Task, c, draw)
+		}
+	}
+	for x.Now() < m.Vault().Now() {
+		x.Tick()
+	}
+	return x
+}
