@@ -75,7 +75,65 @@ func randomCall(r *rand.Rand) api.Call {
 	return api.Call{Op: api.OpGet, Key: api.Serial(-1 - r.Intn(4)), Create: r.Intn(5) > 0}
 }
 
+// hotScript is one in which many tasks change few keyrings at once, and serials come again soon.
+func hotScript(seed int64) api.Script {
+	r := rand.New(rand.NewSource(seed))
+	c := api.Config{Keys: 12 + r.Intn(30), Nodes: 100 + r.Intn(300), Extents: 20 + r.Intn(100), Count: uint64(10 + r.Intn(20)), Bytes: uint64(300 + r.Intn(900))}
+	tasks, procs, draws := 2+r.Intn(7), 1+r.Intn(2), 3+r.Intn(5)
+	for range tasks {
+		c.Creds = append(c.Creds, api.Cred{UID: 1 + r.Intn(2), Proc: r.Intn(procs)})
+	}
+	s := api.Script{Config: c}
+	for i := range 100 {
+		x := randomCall(r)
+		for x.Op == api.OpJoin || x.Op == api.OpRestrict || x.Op == api.OpRevoke {
+			x = randomCall(r)
+		}
+		if x.Op == api.OpSetPerm {
+			x.Perm = 0x3f3f3f3f
+		}
+		for _, id := range []*api.Serial{&x.Key, &x.Ring, &x.To} {
+			if *id > 0 {
+				*id = api.Serial(1 + r.Intn(draws+2))
+			} else if *id < 0 && x.Op != api.OpGet {
+				*id = api.SpecSession
+			}
+		}
+		if i < tasks {
+			x = api.Call{Op: api.OpGet, Key: api.SpecSession, Create: true}
+		}
+		b, e := request.Bytes(x)
+		if e != api.OK {
+			b = []byte{99}
+		}
+		q := api.Request{Task: r.Intn(tasks), Draw: uint64(r.Intn(draws)), Bytes: string(b)}
+		if i < tasks {
+			q.Task = i
+		}
+		s.Requests = append(s.Requests, q)
+	}
+	long := 1 + r.Intn(6)
+	at := 0
+	for range 1500 {
+		if r.Intn(long) == 0 {
+			at = r.Intn(tasks)
+		}
+		a := api.Act{Kind: api.ActStep, Task: at}
+		switch r.Intn(60) {
+		case 0:
+			a = api.Act{Kind: api.ActTick}
+		case 1, 2, 3, 4, 5, 6, 7:
+			a = api.Act{Kind: api.ActCollect}
+		}
+		s.Acts = append(s.Acts, a)
+	}
+	return s
+}
+
 func randomScript(seed int64) api.Script {
+	if seed%3 == 0 {
+		return hotScript(seed)
+	}
 	r := rand.New(rand.NewSource(seed))
 	c := api.Config{Keys: 3 + r.Intn(20), Nodes: 10 + r.Intn(80), Extents: 2 + r.Intn(40), Count: uint64(2 + r.Intn(14)), Bytes: uint64(60 + r.Intn(900))}
 	if r.Intn(3) == 0 {
