@@ -4,10 +4,8 @@ package whole
 import (
 	"math/rand"
 	"strconv"
-	"testing"
 
 	"warder/api"
-	"warder/linear"
 	"warder/machine"
 	"warder/model"
 	"warder/request"
@@ -203,25 +201,17 @@ func plain(m *machine.Machine) []api.KeyView {
 	return l
 }
 
-func replay(t *testing.T, s api.Script, m *machine.Machine) *model.Model {
-	h := m.History()
-	x, _ := model.New(s.Config)
-	for _, i := range linear.ByEnds(h) {
-		d, r := h[i], s.Requests[h[i].Request]
-		for x.Now() < d.Time {
-			x.Tick()
-		}
-		c, e := request.Of([]byte(r.Bytes))
-		draw := r.Draw
-		if (c.Op == api.OpAdd || c.Op == api.OpGet || c.Op == api.OpJoin) && d.Response.Code == api.OK {
-			draw = uint64(d.Response.Value - 1)
-		}
-		if e == api.OK && d.Response.Code != api.ErrFull {
-			x.Do(d.Task, c, draw)
-		}
+// follow lets a model do what an event answered, or tick with it.
+func follow(s api.Script, x *model.Model, e api.Event) []api.Serial {
+	if e.Kind == api.ActTick {
+		return x.Tick()
 	}
-	for x.Now() < m.Vault().Now() {
-		x.Tick()
+	if r := e.Progress.Response; e.Progress.Done && r.Code != api.ErrFull {
+		q := s.Requests[e.Request]
+		if c, f := request.Of([]byte(q.Bytes)); f == api.OK && r.Code == api.OK && (c.Op == api.OpAdd || c.Op == api.OpGet || c.Op == api.OpJoin) {
+			q.Draw = uint64(r.Value - 1)
+		}
+		x.Request(q.Task, []byte(q.Bytes), q.Draw)
 	}
-	return x
+	return nil
 }

@@ -3,6 +3,7 @@ package whole
 import (
 	"os"
 	"reflect"
+	"slices"
 	"strconv"
 	"strings"
 	"testing"
@@ -12,6 +13,7 @@ import (
 	"warder/flow"
 	"warder/linear"
 	"warder/machine"
+	"warder/model"
 	"warder/request"
 	"warder/sound"
 )
@@ -25,7 +27,7 @@ func seeds(n int) int {
 }
 
 // judged: is all that was answered explained, and does the vault have what the model has (P0.1, P0.3, P0.5)?
-func judged(t *testing.T, seed int, s api.Script, m *machine.Machine) {
+func judged(t *testing.T, seed int, s api.Script, m *machine.Machine, x *model.Model) {
 	t.Helper()
 	h := m.History()
 	if at, e := linear.Explains(s.Config, s.Requests, h, linear.ByEnds(h)); at != -1 || e != api.OK {
@@ -37,7 +39,6 @@ func judged(t *testing.T, seed int, s api.Script, m *machine.Machine) {
 			t.Fatal(seed, "a handle that was followed is stale", d)
 		}
 	}
-	x := replay(t, s, m)
 	if !reflect.DeepEqual(x.View().Keys, plain(m)) || !reflect.DeepEqual(x.View().Accounts, m.Vault().View().Accounts) {
 		t.Fatal(seed, "not what the model has", x.View(), plain(m))
 	}
@@ -55,8 +56,13 @@ func TestScripts(t *testing.T) { // P0.1, P0.3, P0.4, P0.5, P0.6
 		if e != api.OK {
 			t.Fatal(e)
 		}
+		plainly, _ := model.New(s.Config)
 		for i, a := range s.Acts {
 			x, _ := m.Do(a)
+			died := follow(s, plainly, x)
+			if slices.Sort(died); !slices.Equal(died, x.Died) {
+				t.Fatal(seed, i, "who died", died, x.Died)
+			}
 			if x.Progress.Failed {
 				failed++
 				most = max(most, m.Call(a.Task).Tries())
@@ -65,9 +71,13 @@ func TestScripts(t *testing.T) { // P0.1, P0.3, P0.4, P0.5, P0.6
 				t.Fatal(seed, i, l)
 			}
 		}
-		judged(t, seed, s, m)
+		judged(t, seed, s, m, plainly)
+		acts := m.Acts()
 		drain.Drain(m, drain.Bound(s.Config))
-		judged(t, seed, s, m)
+		for _, x := range m.Log()[acts:] {
+			follow(s, plainly, x)
+		}
+		judged(t, seed, s, m, plainly)
 		if !drain.Full(m) && !drain.Drained(m) {
 			t.Fatal(seed, "not drained", drain.Of(m))
 		}
