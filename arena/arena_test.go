@@ -1,23 +1,24 @@
-package arena
+package arena_test
 
 import (
 	"testing"
 
 	"warder/api"
+	"warder/arena"
 )
 
 func h(i int, gen uint64) api.Handle { return api.Handle{Index: i, Gen: gen} }
 
 func TestGivenOutAndBack(t *testing.T) { // P3.1
 	for _, n := range []int{0, -1, 4097} {
-		if a, e := New[int](n); a != nil || e != api.ErrArg {
+		if a, e := arena.New[int](n); a != nil || e != api.ErrArg {
 			t.Error(n, e)
 		}
 	}
-	if a, e := New[int](4096); e != api.OK || a.Size() != 4096 {
+	if a, e := arena.New[int](4096); e != api.OK || a.Size() != 4096 {
 		t.Error(e)
 	}
-	a, _ := New[int](2)
+	a, _ := arena.New[int](2)
 	alloc := func(want api.Handle, e api.Errno) {
 		t.Helper()
 		x, got := a.Alloc()
@@ -50,7 +51,7 @@ func TestGivenOutAndBack(t *testing.T) { // P3.1
 	a.Free(h(0, 2))
 	alloc(h(0, 3), api.OK)
 	alloc(h(1, 2), api.OK)
-	b, _ := New[int](3)
+	b, _ := arena.New[int](3)
 	b.Alloc()
 	b.Free(h(0, 1))
 	if x, _ := b.Alloc(); x != h(0, 2) {
@@ -59,7 +60,7 @@ func TestGivenOutAndBack(t *testing.T) { // P3.1
 	if x, _ := b.Alloc(); x != h(1, 1) {
 		t.Error("the least one that never was in use", x)
 	}
-	for _, n := range []*Arena[int]{nil, {}} {
+	for _, n := range []*arena.Arena[int]{nil, {}} {
 		if _, e := n.Alloc(); e != api.ErrNil {
 			t.Error(e)
 		}
@@ -70,7 +71,7 @@ func TestGivenOutAndBack(t *testing.T) { // P3.1
 }
 
 func TestLooks(t *testing.T) { // P3.2
-	a, _ := New[string](4)
+	a, _ := arena.New[string](4)
 	for _, s := range []string{"a", "b", "c"} {
 		x, _ := a.Alloc()
 		a.Set(x, s)
@@ -112,7 +113,7 @@ func TestLooks(t *testing.T) { // P3.2
 	for range all {
 		break
 	}
-	for _, n := range []*Arena[string]{nil, {}} {
+	for _, n := range []*arena.Arena[string]{nil, {}} {
 		for range n.All() {
 			t.Error("of nothing")
 		}
@@ -122,18 +123,8 @@ func TestLooks(t *testing.T) { // P3.2
 	}
 }
 
-func TestZeroLooks(t *testing.T) { // P3.2: told of each free slot, not only of what was given back
-	a, _ := New[int](2)
-	if a.slots[1].value = 4; a.Zero() {
-		t.Error("a free slot that is not zero")
-	}
-	if a.slots[1].inUse = true; !a.Zero() {
-		t.Error("one in use may have anything")
-	}
-}
-
 func TestCopySame(t *testing.T) { // P3.3
-	a, _ := New[int](3)
+	a, _ := arena.New[int](3)
 	a.Alloc()
 	a.Alloc()
 	b := a.Copy()
@@ -152,13 +143,13 @@ func TestCopySame(t *testing.T) { // P3.3
 	if a.Same(b) {
 		t.Error("what is given out next is not the same")
 	}
-	c, _ := New[int](4)
-	d, _ := New[int](3)
-	var n *Arena[int]
-	if c.Same(d) || n.Same(c) || c.Same(n) || !n.Same(nil) || n.Copy() != nil || !n.Same(&Arena[int]{}) || (&Arena[int]{}).Copy() != nil {
+	c, _ := arena.New[int](4)
+	d, _ := arena.New[int](3)
+	var n *arena.Arena[int]
+	if c.Same(d) || n.Same(c) || c.Same(n) || !n.Same(nil) || n.Copy() != nil || !n.Same(&arena.Arena[int]{}) || (&arena.Arena[int]{}).Copy() != nil {
 		t.Error("sizes, nil")
 	}
-	x, _ := New[any](1)
+	x, _ := arena.New[any](1)
 	k, _ := x.Alloc()
 	x.Set(k, []int{1})
 	if x.Same(x.Copy()) {
@@ -167,7 +158,7 @@ func TestCopySame(t *testing.T) { // P3.3
 }
 
 func TestNeverTwice(t *testing.T) { // P3.4
-	a, _ := New[int](5)
+	a, _ := arena.New[int](5)
 	had := map[api.Handle]bool{}
 	var use []api.Handle
 	for i := 0; i < 500; i++ {

@@ -1,4 +1,4 @@
-package assoc
+package assoc_test
 
 import (
 	"slices"
@@ -7,6 +7,7 @@ import (
 
 	"warder/api"
 	"warder/arena"
+	"warder/assoc"
 	"warder/nibble"
 	"warder/rcu"
 	"warder/walk"
@@ -20,9 +21,9 @@ func parts(size int) (*arena.Arena[api.Node], *rcu.RCU) {
 	return a, r
 }
 
-func table(t *testing.T, size int) (*Table, *arena.Arena[api.Node], *rcu.RCU) {
+func table(t *testing.T, size int) (*assoc.Table, *arena.Arena[api.Node], *rcu.RCU) {
 	a, r := parts(size)
-	x, e := New(a, r)
+	x, e := assoc.New(a, r)
 	if e != api.OK {
 		t.Fatal(e)
 	}
@@ -35,7 +36,7 @@ func TestPutDropClear(t *testing.T) { // P12.1
 		a *arena.Arena[api.Node]
 		r *rcu.RCU
 	}{{nil, r}, {a, nil}, {&arena.Arena[api.Node]{}, r}, {a, &rcu.RCU{}}} {
-		if o, e := New(x.a, x.r); o != nil || e != api.ErrNil {
+		if o, e := assoc.New(x.a, x.r); o != nil || e != api.ErrNil {
 			t.Error(e)
 		}
 	}
@@ -92,7 +93,7 @@ func TestPutDropClear(t *testing.T) { // P12.1
 	if _, e := x.Drop(user("a")); e != api.OK {
 		t.Error("none is to be made", e)
 	}
-	for _, n := range []*Table{nil, {}} {
+	for _, n := range []*assoc.Table{nil, {}} {
 		_, e := n.Put(user(""), 0)
 		_, f := n.Drop(user(""))
 		_, g := n.Copy(a, r)
@@ -129,7 +130,7 @@ func TestLooks(t *testing.T) { // P12.2
 	if !slices.Equal(x.Keys(), want) {
 		t.Error(x.Keys())
 	}
-	for _, n := range []*Table{nil, {}} {
+	for _, n := range []*assoc.Table{nil, {}} {
 		_, is := n.Find(user("a"))
 		_, in := n.Index(1)
 		if is || in || n.Keys() != nil || n.Nodes() != 0 || n.Root() != (api.Link{}) || n.Version() != 0 || n.Len() != 0 || n.Collect() != 0 {
@@ -158,11 +159,11 @@ func TestCollectCount(t *testing.T) { // P12.3
 	}
 	bad := api.Index{Type: 9, Desc: "a"}
 	for n, l := range [][]api.Index{{}, {user("a"), user("b")}, nil} {
-		if n < 2 && Count(l...) != n {
+		if n < 2 && assoc.Count(l...) != n {
 			t.Error(n)
 		}
 	}
-	if Count(user("a"), user("a"), bad) != 0 || Count(user("a"), bad, user("b"), user("a"), bad) != 1 {
+	if assoc.Count(user("a"), user("a"), bad) != 0 || assoc.Count(user("a"), bad, user("b"), user("a"), bad) != 1 {
 		t.Error("each counts once, those that may not be for nothing")
 	}
 }
@@ -190,11 +191,11 @@ func TestCopySame(t *testing.T) { // P12.4
 	if x.Same(y) {
 		t.Error("versions")
 	}
-	z, _ := New(b, q)
+	z, _ := assoc.New(b, q)
 	z.Put(user("a"), 1)
 	z.Put(user("b"), 4)
-	var n *Table
-	if x.Same(z) || n.Same(x) || x.Same(n) || !n.Same(nil) || !n.Same(&Table{}) {
+	var n *assoc.Table
+	if x.Same(z) || n.Same(x) || x.Same(n) || !n.Same(nil) || !n.Same(&assoc.Table{}) {
 		t.Error("same")
 	}
 }
@@ -233,7 +234,7 @@ func TestReadersRead(t *testing.T) { // P12.5
 		for _, y := range l {
 			want = append(want, at[y])
 		}
-		if !slices.Equal(x.Keys(), want) || x.Nodes() != Count(l...) || x.Len() != len(l) {
+		if !slices.Equal(x.Keys(), want) || x.Nodes() != assoc.Count(l...) || x.Len() != len(l) {
 			t.Fatal(i, x.Keys(), want)
 		}
 		x.Collect()

@@ -1,10 +1,11 @@
-package book
+package book_test
 
 import (
 	"slices"
 	"testing"
 
 	"warder/api"
+	"warder/book"
 )
 
 func rec(s api.Serial) api.Record {
@@ -18,7 +19,7 @@ func want(t *testing.T, got, e api.Errno) {
 	}
 }
 
-func put(t *testing.T, b *Book, s api.Serial) api.Handle {
+func put(t *testing.T, b *book.Book, s api.Serial) api.Handle {
 	t.Helper()
 	h, e := b.Prepare()
 	want(t, e, api.OK)
@@ -28,16 +29,16 @@ func put(t *testing.T, b *Book, s api.Serial) api.Handle {
 
 func TestPrepareUndoPublish(t *testing.T) { // P18.1
 	for _, n := range []int{0, -1, 65} {
-		if b, e := New(n); b != nil || e != api.ErrArg {
+		if b, e := book.New(n); b != nil || e != api.ErrArg {
 			t.Error(n, e)
 		}
 	}
-	b, e := New(64)
+	b, e := book.New(64)
 	want(t, e, api.OK)
 	if b.Room() != 64 {
 		t.Error(b.Room())
 	}
-	b, _ = New(2)
+	b, _ = book.New(2)
 	h, e := b.Prepare()
 	want(t, e, api.OK)
 	if r, e := b.At(h); r != (api.Record{}) || e != api.OK {
@@ -69,7 +70,7 @@ func TestPrepareUndoPublish(t *testing.T) { // P18.1
 }
 
 func TestGetAtHandleSet(t *testing.T) { // P18.2
-	b, _ := New(3)
+	b, _ := book.New(3)
 	h := put(t, b, 7)
 	if r, is := b.Get(7); r != rec(7) || !is {
 		t.Error(r)
@@ -99,7 +100,7 @@ func TestGetAtHandleSet(t *testing.T) { // P18.2
 }
 
 func TestRemoveFree(t *testing.T) { // P18.3
-	b, _ := New(1)
+	b, _ := book.New(1)
 	h, _ := b.Prepare()
 	want(t, b.Free(h), api.ErrState)
 	want(t, b.Publish(h, rec(7)), api.OK)
@@ -124,7 +125,7 @@ func TestRemoveFree(t *testing.T) { // P18.3
 	}
 	want(t, b.Free(h), api.OK)
 	want(t, b.Free(h), api.ErrStale)
-	b, _ = New(2)
+	b, _ = book.New(2)
 	h = put(t, b, 7)
 	b.Remove(7)
 	k := put(t, b, 7)
@@ -137,7 +138,7 @@ func TestRemoveFree(t *testing.T) { // P18.3
 }
 
 func TestLooks(t *testing.T) { // P18.4
-	b, _ := New(4)
+	b, _ := book.New(4)
 	put(t, b, 9)
 	put(t, b, 3)
 	b.Prepare()
@@ -161,7 +162,7 @@ func TestLooks(t *testing.T) { // P18.4
 	for range all {
 		break
 	}
-	for _, n := range []*Book{nil, {}} {
+	for _, n := range []*book.Book{nil, {}} {
 		_, e := n.Prepare()
 		_, f := n.At(api.Handle{})
 		_, g := n.Remove(0)
@@ -181,7 +182,7 @@ func TestLooks(t *testing.T) { // P18.4
 }
 
 func TestCopySame(t *testing.T) { // P18.5
-	b, _ := New(3)
+	b, _ := book.New(3)
 	h := put(t, b, 5)
 	o := b.Copy()
 	if !b.Same(o) {
@@ -204,16 +205,23 @@ func TestCopySame(t *testing.T) { // P18.5
 	}
 	x, _ := b.Prepare()
 	b.Undo(x)
-	c, _ := New(4)
-	d, _ := New(3)
-	var n *Book
-	if b.Same(o) || c.Same(d) || n.Same(b) || b.Same(n) || !n.Same(nil) || !n.Same(&Book{}) || n.Copy() != nil || (&Book{}).Copy() != nil {
+	c, _ := book.New(4)
+	d, _ := book.New(3)
+	var n *book.Book
+	if b.Same(o) || c.Same(d) || n.Same(b) || b.Same(n) || !n.Same(nil) || !n.Same(&book.Book{}) || n.Copy() != nil || (&book.Book{}).Copy() != nil {
 		t.Error("same")
 	}
 }
 
+// What a slot is.
+const (
+	isPrepared = 1 + iota
+	isPublished
+	isRemoved
+)
+
 func TestFollows(t *testing.T) { // P18.6
-	b, _ := New(5)
+	b, _ := book.New(5)
 	state := map[api.Handle]int{}
 	for i := 0; i < 3000; i++ {
 		was := b.Copy()
@@ -235,7 +243,7 @@ func TestFollows(t *testing.T) { // P18.6
 				if state[x] != 0 {
 					t.Fatal("given out twice")
 				}
-				state[x] = prepared
+				state[x] = isPrepared
 			}
 		case 1:
 			if e = b.Undo(h); e == api.OK {
@@ -243,12 +251,12 @@ func TestFollows(t *testing.T) { // P18.6
 			}
 		case 2:
 			if e = b.Publish(h, rec(s)); e == api.OK {
-				state[h] = published
+				state[h] = isPublished
 			}
 		case 3:
 			var x api.Handle
 			if x, e = b.Remove(s); e == api.OK {
-				state[x] = removed
+				state[x] = isRemoved
 			}
 		default:
 			if e = b.Free(h); e == api.OK {
@@ -265,7 +273,7 @@ func TestFollows(t *testing.T) { // P18.6
 				t.Fatal(h, s, e)
 			}
 		}
-		if count[prepared]+count[published]+count[removed]+b.Room() != b.Size() || b.Len() != count[published] || !b.Zero() {
+		if count[isPrepared]+count[isPublished]+count[isRemoved]+b.Room() != b.Size() || b.Len() != count[isPublished] || !b.Zero() {
 			t.Fatal(count)
 		}
 	}

@@ -1,4 +1,4 @@
-package call
+package call_test
 
 import (
 	"slices"
@@ -7,6 +7,7 @@ import (
 	"testing"
 
 	"warder/api"
+	"warder/call"
 	"warder/request"
 	"warder/vault"
 )
@@ -30,13 +31,13 @@ func build(t *testing.T, change ...func(c *api.Config)) *world {
 	return &world{Vault: v, t: t}
 }
 
-func (w *world) begin(task int, c api.Call) *Call {
+func (w *world) begin(task int, c api.Call) *call.Call {
 	w.t.Helper()
 	b, e := request.Bytes(c)
 	if e != api.OK {
 		w.t.Fatal(c, e)
 	}
-	x, e := Begin(w.Vault, task, b, w.draw)
+	x, e := call.Begin(w.Vault, task, b, w.draw)
 	if e != api.OK {
 		w.t.Fatal(e)
 	}
@@ -45,7 +46,7 @@ func (w *world) begin(task int, c api.Call) *Call {
 }
 
 // steps does steps till it is answered, and tells their phases.
-func (w *world) steps(x *Call) string {
+func (w *world) steps(x *call.Call) string {
 	w.t.Helper()
 	names := strings.Fields("- decode begin resolve cells possess search below find read lock record extents nodes commit over")
 	var l []string
@@ -181,17 +182,17 @@ func TestPhases(t *testing.T) { // P23.1
 func TestErrors(t *testing.T) { // P23.1
 	w := build(t)
 	for _, v := range []*vault.Vault{nil, {}} {
-		if c, e := Begin(v, 9, nil, 0); c != nil || e != api.ErrNil {
+		if c, e := call.Begin(v, 9, nil, 0); c != nil || e != api.ErrNil {
 			t.Error(e)
 		}
 	}
 	for _, task := range []int{-1, 4} {
-		if c, e := Begin(w.Vault, task, nil, 0); c != nil || e != api.ErrArg {
+		if c, e := call.Begin(w.Vault, task, nil, 0); c != nil || e != api.ErrArg {
 			t.Error(task, e)
 		}
 	}
 	b := []byte{99, 1}
-	c, e := Begin(w.Vault, 1, b, 0)
+	c, e := call.Begin(w.Vault, 1, b, 0)
 	if e != api.OK || c.Phase() != api.PhaseDecode || c.Done() || c.Task() != 1 {
 		t.Error(e)
 	}
@@ -236,7 +237,7 @@ func TestLooks(t *testing.T) { // P23.2
 	if c, is := x.Call(); !is || c != read(k) || !x.Done() || x.Tries() != 0 || x.Response().Bytes != "one" || x.Task() != 0 {
 		t.Error(c, x.Response())
 	}
-	for _, n := range []*Call{nil, {}} {
+	for _, n := range []*call.Call{nil, {}} {
 		p, e := n.Step()
 		c, is := n.Call()
 		if p != (api.Progress{}) || e != api.ErrNil || n.Phase() != 0 || n.Done() || n.Response() != (api.Response{}) || n.Tries() != 0 || n.Task() != 0 || c != (api.Call{}) || is || n.Noted() != nil {
@@ -498,17 +499,22 @@ func TestGreatLock(t *testing.T) { // P23.1
 		t.Error(l)
 	}
 	w.calm()
+	z := w.begin(2, on(api.OpDescribe, s))
+	for i := range api.MaxTries {
+		for z.Phase() != api.PhaseCommit {
+			z.Step()
+		}
+		w.code(0, mask(s, 0x3f3f3f3f-api.Perm(i)), api.OK)
+		z.Step()
+	}
 	w.Locks().Try(3, 0)
-	z := w.begin(2, get(session))
-	z.Step()
 	for range 4 {
-		z.tries = api.MaxTries
-		if p, _ := z.Step(); p.Phase != api.PhaseBegin || !p.Waits || w.Rcu().Depth(2) != 0 {
+		if p, _ := z.Step(); z.Tries() != api.MaxTries || p.Phase != api.PhaseBegin || !p.Waits || w.Rcu().Depth(2) != 0 {
 			t.Error(p)
 		}
 	}
 	w.Locks().Drop(3)
-	if l := w.steps(z); l != "begin resolve record commit" {
+	if l := w.steps(z); !strings.HasPrefix(l, "begin resolve") || strings.Contains(l, "!") || z.Response().Code != api.OK {
 		t.Error(l)
 	}
 	w.calm()

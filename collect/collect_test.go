@@ -1,4 +1,4 @@
-package collect
+package collect_test
 
 import (
 	"slices"
@@ -7,6 +7,7 @@ import (
 
 	"warder/api"
 	"warder/call"
+	"warder/collect"
 	"warder/request"
 	"warder/vault"
 )
@@ -63,14 +64,14 @@ func (w *world) session() api.Serial {
 
 func (w *world) step(kind api.CollectKind, ring, key api.Serial) {
 	w.t.Helper()
-	if x, e := Step(w.Vault); x != (api.Collected{Kind: kind, Ring: ring, Key: key}) || e != api.OK {
+	if x, e := collect.Step(w.Vault); x != (api.Collected{Kind: kind, Ring: ring, Key: key}) || e != api.OK {
 		w.t.Error(x, e)
 	}
 }
 
 func (w *world) left(callbacks, links int) {
 	w.t.Helper()
-	if c, l := Left(w.Vault); c != callbacks || l != links || Calm(w.Vault) != (c+l == 0) {
+	if c, l := collect.Left(w.Vault); c != callbacks || l != links || collect.Calm(w.Vault) != (c+l == 0) {
 		w.t.Error(c, l)
 	}
 }
@@ -95,10 +96,10 @@ func TestStep(t *testing.T) { // P24.1
 		t.Error("left in use")
 	}
 	for _, v := range []*vault.Vault{nil, {}} {
-		if x, e := Step(v); x != (api.Collected{}) || e != api.ErrNil {
+		if x, e := collect.Step(v); x != (api.Collected{}) || e != api.ErrNil {
 			t.Error(e)
 		}
-		if c, l := Left(v); c != 0 || l != 0 || len(All(v, 9)) != 0 {
+		if c, l := collect.Left(v); c != 0 || l != 0 || len(collect.All(v, 9)) != 0 {
 			t.Error("nil")
 		}
 	}
@@ -113,7 +114,7 @@ func TestWhichLink(t *testing.T) { // P24.1
 		in = append(in, w.add(ring, api.TypeUser, "k"), w.add(ring, api.TypeUser, "l"))
 	}
 	w.dies(in...)
-	if _, l := Left(w.Vault); l != 6 {
+	if _, l := collect.Left(w.Vault); l != 6 {
 		t.Error(l)
 	}
 	var want []api.Collected
@@ -146,7 +147,7 @@ func TestWhichLink(t *testing.T) { // P24.1
 	w.step(api.CollectNone, 0, 0)
 	w.left(5, 0)
 	w.Rcu().Leave(1)
-	if l := All(w.Vault, 99); len(l) != 5 || !Calm(w.Vault) {
+	if l := collect.All(w.Vault, 99); len(l) != 5 || !collect.Calm(w.Vault) {
 		t.Error(l)
 	}
 }
@@ -188,10 +189,10 @@ func TestAll(t *testing.T) { // P24.2
 	w.dies(a)
 	for most, n := range map[int]int{-1: 0, 0: 0, 2: 2, 3: 3, 4: 3, 99: 3} {
 		v := w.Copy()
-		if l := All(v, most); len(l) != n || slices.Contains(l, api.Collected{}) {
+		if l := collect.All(v, most); len(l) != n || slices.Contains(l, api.Collected{}) {
 			t.Error(most, l)
 		}
-		if c, l := Left(v); n == 3 && c+l != 0 || n < 3 && c+l == 0 {
+		if c, l := collect.Left(v); n == 3 && c+l != 0 || n < 3 && c+l == 0 {
 			t.Error(c, l)
 		}
 	}
@@ -220,10 +221,10 @@ func TestCalmAtLast(t *testing.T) { // P24.3
 	for _, k := range before.Keys {
 		links += len(k.Links)
 	}
-	callbacks, _ := Left(w.Vault)
-	All(w.Vault, 3*links+callbacks)
-	if !Calm(w.Vault) {
-		t.Error(Left(w.Vault))
+	callbacks, _ := collect.Left(w.Vault)
+	collect.All(w.Vault, 3*links+callbacks)
+	if !collect.Calm(w.Vault) {
+		t.Error(collect.Left(w.Vault))
 	}
 	after := w.View()
 	alive := map[api.Serial]api.KeyView{}

@@ -1,14 +1,18 @@
-package console
+package console_test
 
 import (
 	"slices"
 	"strconv"
 	"strings"
 	"testing"
+
+	"warder/api"
+	"warder/console"
+	"warder/request"
 )
 
 // says tells each line, and what is to be answered ("|" between lines, "" where there is none).
-func says(t *testing.T, c *Console, l ...[2]string) {
+func says(t *testing.T, c *console.Console, l ...[2]string) {
 	t.Helper()
 	for _, x := range l {
 		var want []string
@@ -21,9 +25,9 @@ func says(t *testing.T, c *Console, l ...[2]string) {
 	}
 }
 
-func build(t *testing.T, lines ...string) *Console {
+func build(t *testing.T, lines ...string) *console.Console {
 	t.Helper()
-	c := New()
+	c := console.New()
 	for _, l := range lines {
 		for _, a := range c.Say(l) {
 			if strings.HasPrefix(a, "error") {
@@ -35,7 +39,7 @@ func build(t *testing.T, lines ...string) *Console {
 }
 
 func TestExamples(t *testing.T) { // P32.1
-	says(t, New(), [][2]string{
+	says(t, console.New(), [][2]string{
 		{"task 1 0 0", "ok"}, {"ask 0 0 get @session yes", "ok"}, {"begin", "ok"},
 		{"step 0 5", "0 0 step 0 0 decode|1 0 step 0 0 begin|2 0 step 0 0 resolve|3 0 step 0 0 record|4 0 step 0 0 commit done 0 1 -"},
 		{"keys", "1 keyring _ses 1 0 3f030000 live 0 any 0 1 0 -"}, {"cells 0", "- - 1 -"}, {"judge", "fine"},
@@ -68,7 +72,7 @@ func TestSay(t *testing.T) { // P32.1
 }
 
 // links are as the console tells them; what they are is looked at by other layers' tests.
-func links(c *Console, ring int) string {
+func links(c *console.Console, ring int) string {
 	for _, l := range c.Say("keys") {
 		if w := strings.Split(l, " "); w[0] == strconv.Itoa(ring) {
 			return w[len(w)-1]
@@ -88,34 +92,53 @@ func TestEventLines(t *testing.T) { // P32.1
 }
 
 func TestAsk(t *testing.T) { // P32.1
-	c := New()
-	for i, l := range []string{
-		"add @thread keyring r -", "add 1 big b " + strings.Repeat("00", 256), "request logon x", "search @user user x", "read @process", "update 1 61", "describe 1073741824", "link 1 2", "unlink 1 @session", "move 1 2 3",
-		"clear 1", "setperm 1 3f3f3f3f", "chown 1 15 0", "timeout 1 549755813888", "timeout 1 0", "revoke 1", "invalidate 1", "restrict 1 none", "get @user no", "get @thread yes", "join s",
+	asked, raw := build(t, "task 0 0 0"), build(t, "task 0 0 0")
+	r, a := api.SpecSession, api.Index{Type: api.TypeUser, Desc: "a"}
+	for l, x := range map[string]api.Call{
+		"get @session yes": {Op: api.OpGet, Key: r, Create: true}, "get @thread no": {Op: api.OpGet, Key: api.SpecThread}, "join s": {Op: api.OpJoin, Index: api.Index{Type: api.TypeRing, Desc: "s"}},
+		"add @session keyring r -": {Op: api.OpAdd, Ring: r, Index: api.Index{Type: api.TypeRing, Desc: "r"}}, "add 1 user a 00ff": {Op: api.OpAdd, Ring: 1, Index: a, Payload: "\x00\xff"}, "add 1 big b " + strings.Repeat("61", 256): {Op: api.OpAdd, Ring: 1, Index: api.Index{Type: api.TypeBig, Desc: "b"}, Payload: strings.Repeat("a", 256)},
+		"request user a": {Op: api.OpRequest, Index: a}, "search @user logon x": {Op: api.OpSearch, Ring: api.SpecUser, Index: api.Index{Type: api.TypeLogon, Desc: "x"}}, "read @process": {Op: api.OpRead, Key: api.SpecProcess}, "update 1 61": {Op: api.OpUpdate, Key: 1, Payload: "a"},
+		"describe 1073741824": {Op: api.OpDescribe, Key: api.MaxSerial}, "link 1 2": {Op: api.OpLink, Key: 1, Ring: 2}, "unlink 1 @session": {Op: api.OpUnlink, Key: 1, Ring: r}, "move 1 2 3": {Op: api.OpMove, Key: 1, Ring: 2, To: 3}, "clear 1": {Op: api.OpClear, Ring: 1},
+		"setperm 1 3f3f3f3f": {Op: api.OpSetPerm, Key: 1, Perm: 0x3f3f3f3f}, "chown 1 15 0": {Op: api.OpChown, Key: 1, UID: 15}, "timeout 1 549755813888": {Op: api.OpTimeout, Key: 1, Time: 1 << 39}, "timeout 1 0": {Op: api.OpTimeout, Key: 1}, "revoke 1": {Op: api.OpRevoke, Key: 1}, "invalidate 1": {Op: api.OpInvalidate, Key: 1}, "restrict 1 none": {Op: api.OpRestrict, Ring: 1, Restrict: 5},
 	} {
-		if a := c.Say("ask 3 1099511627776 " + l); !slices.Equal(a, []string{"ok"}) || len(c.requests) != i+1 || c.requests[i].Task != 3 || c.requests[i].Draw != 1<<40 {
-			t.Error(l, a)
+		b, e := request.Bytes(x)
+		var digits string
+		for _, n := range b {
+			digits += "0123456789abcdef"[n>>4:][:1] + "0123456789abcdef"[n&15:][:1]
+		}
+		if e != api.OK {
+			t.Error(x)
+		}
+		says(t, asked, [2]string{"ask 0 1099511627776 " + l, "ok"})
+		says(t, raw, [2]string{"raw 0 1099511627776 " + digits, "ok"})
+	}
+	var answers [2][]string
+	for i, c := range []*console.Console{asked, raw} {
+		for _, l := range []string{"begin", "step 0 400", "keys", "history"} {
+			answers[i] = append(answers[i], c.Say(l)...)
 		}
 	}
-	if c.requests[0].Bytes != "\x01\xff\xff\xff\xff\x04\x01r\x00\x00" || c.requests[9].Bytes != "\x09\x01\x00\x00\x00\x02\x00\x00\x00\x03\x00\x00\x00" {
-		t.Error(c.requests)
+	if !slices.Equal(answers[0], answers[1]) || len(answers[0]) < 420 || strings.Contains(strings.Join(answers[0], "|"), "decode done 2") {
+		t.Error("what is asked is not what is meant")
 	}
+	c := console.New()
 	for _, l := range []string{
 		"ask", "ask 0", "ask 0 0", "ask 0 0 none", "ask 0 0 add @session user a", "ask 0 0 add @session user a 61 62", "ask 0 0 add @session user a -", "ask 0 0 add @session user a 6", "ask 0 0 add @session user a 6G", "ask 0 0 add @session user a 6A", "ask 0 0 add @session user a; 61", "ask 0 0 add session user a 61", "ask 0 0 add -1 user a 61", "ask 0 0 add 0 user a 61", "ask 0 0 add 01 user a 61", "ask 0 0 add 1 users a 61", "ask 0 0 add 1 keyring a 61", "ask 0 0 read 1073741825", "ask 0 0 read", "ask 0 0 read 1 ", "ask 0 0  read 1", "ask 0 0 update 1 -",
 		"ask 0 0 setperm 1 3f3f3f4f", "ask 0 0 setperm 1 3f", "ask 0 0 chown 1 16 0", "ask 0 0 chown 1 1", "ask 0 0 timeout 1 549755813889", "ask 0 0 restrict 1 any", "ask 0 0 restrict 1 keyring", "ask 0 0 get @user maybe", "ask 0 0 get @user", "ask 0 0 get 1 yes", "ask 0 0 get @none yes", "ask 0 0 join", "ask 0 0 join s s", "ask 0 0 join keyring s", "ask 00 0 read 1", "ask 0 1099511627777 read 1", "ask 0 -1 read 1", "ask +0 0 read 1", "ask x 0 read 1", "ask 0 18446744073709551616 read 1",
 		"raw", "raw 0 0", "raw 0 0 6", "raw 0 0 zz", "raw 0 0 61 61", "raw 0 0 ", "", " ", "nothing", "Task 1 0 0", "task 1 0", "task 1 0 0 0", "task 16 0 0", "task 0 16 0", "task 0 0 8", "task a 0 0", "set", "set keys", "set keys x", "set key 1", "set keys 1 1", "set Keys 1", "set keys 1099511627777", "begin now", " begin", "begin ", "step 0", "step 0 0", "step 0 1001", "step 0 1 1", "tick 0", "tick 101", "tick", "collect 0", "collect 101", "drain 1001", "drain", "keys 1", "cells", "cells x", "accounts 1", "free 1", "left 1", "history 1", "judge 1", "end 1", "step\t0 1",
 	} {
-		if a := c.Say(l); !slices.Equal(a, []string{"error 2"}) || len(c.requests) != 21 || len(c.config.Creds) != 0 || c.config.Keys != 16 {
+		if a := c.Say(l); !slices.Equal(a, []string{"error 2"}) {
 			t.Errorf("%q: %q", l, a)
 		}
 	}
+	says(t, c, [][2]string{{"begin", "error 2"}, {"task 0 0 0", "ok"}, {"begin", "ok"}, {"step 0 1", "0 0 step 0 -"}, {"free", "16 128 64 0"}}...)
 }
 
 func TestErrors(t *testing.T) { // P32.1
-	for _, c := range []*Console{nil, {}} {
+	for _, c := range []*console.Console{nil, {}} {
 		says(t, c, [2]string{"nothing", "error 1"}, [2]string{"end", "error 1"})
 	}
-	c := New()
+	c := console.New()
 	for _, l := range []string{"step 0 1", "tick 1", "collect 1", "drain 0", "keys", "cells 0", "accounts", "free", "left", "history", "judge"} {
 		says(t, c, [2]string{l, "error 18"})
 	}
@@ -124,7 +147,7 @@ func TestErrors(t *testing.T) { // P32.1
 		says(t, c, [2]string{l, "error 18"})
 	}
 	says(t, c, [][2]string{{"task 99 1 1", "error 2"}, {"step 2 5", "error 2"}, {"step 1 1", "0 0 step 1 0 decode"}, {"judge", "fine"}, {"end", "ok"}, {"judge", "error 18"}}...)
-	c = New()
+	c = console.New()
 	for range 1000 {
 		says(t, c, [2]string{"raw 0 0 -", "ok"})
 	}
@@ -136,7 +159,7 @@ func TestErrors(t *testing.T) { // P32.1
 
 func TestTalk(t *testing.T) { // P32.2
 	for text, want := range map[string][]string{"": nil, "\n": {"error 2"}, "end": {"ok"}, "end\n": {"ok"}, "end\nend": {"ok", "ok"}, "end\n\nend\n": {"ok", "error 2", "ok"}, "task 1 0 0\nbegin\nkeys\nfree\n": {"ok", "ok", "16 128 64 0"}, "end\r\n": {"error 2"}} {
-		if got := Talk(text); !slices.Equal(got, want) {
+		if got := console.Talk(text); !slices.Equal(got, want) {
 			t.Errorf("%q: %q", text, got)
 		}
 	}
@@ -169,7 +192,7 @@ func TestFine(t *testing.T) { // P32.3
 			lines = append(lines, []string{"step " + num(3) + " " + strconv.Itoa(1+pick(9)), "step " + num(3) + " " + strconv.Itoa(1+pick(9)), "step " + num(3) + " 20", "tick 1", "collect 2", "drain 3", "judge", "nothing"}[pick(8)])
 		}
 		lines = append(lines, "drain 1000", "judge", "left")
-		answers := Talk(strings.Join(lines, "\n"))
+		answers := console.Talk(strings.Join(lines, "\n"))
 		if slices.Contains(answers, "wrong") || answers[len(answers)-2] != "fine" {
 			t.Fatal(seed, "wrong")
 		}

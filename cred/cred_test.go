@@ -1,14 +1,15 @@
-package cred
+package cred_test
 
 import (
 	"testing"
 
 	"warder/api"
+	"warder/cred"
 )
 
 var specs = []api.Serial{api.SpecThread, api.SpecProcess, api.SpecSession, api.SpecUser}
 
-func isCell(t *testing.T, c *Creds, task int, spec, s api.Serial, ver uint64, is bool) {
+func isCell(t *testing.T, c *cred.Creds, task int, spec, s api.Serial, ver uint64, is bool) {
 	t.Helper()
 	if x, v, ok := c.Cell(task, spec); x != s || v != ver || ok != is {
 		t.Errorf("cell %d of %d: %d %d %v, not %d %d %v", spec, task, x, v, ok, s, ver, is)
@@ -16,19 +17,19 @@ func isCell(t *testing.T, c *Creds, task int, spec, s api.Serial, ver uint64, is
 }
 
 func TestNewOfTasks(t *testing.T) { // P6.1
-	if _, e := New(nil); e != api.ErrArg {
+	if _, e := cred.New(nil); e != api.ErrArg {
 		t.Error(e)
 	}
-	if _, e := New(make([]api.Cred, 9)); e != api.ErrArg {
+	if _, e := cred.New(make([]api.Cred, 9)); e != api.ErrArg {
 		t.Error(e)
 	}
 	for _, x := range []api.Cred{{UID: 16}, {UID: -1}, {GID: 16}, {GID: -1}, {Proc: 8}, {Proc: -1}} {
-		if c, e := New([]api.Cred{{}, x}); c != nil || e != api.ErrArg {
+		if c, e := cred.New([]api.Cred{{}, x}); c != nil || e != api.ErrArg {
 			t.Error(x, e)
 		}
 	}
 	l := []api.Cred{{UID: 15, GID: 15, Proc: 7}, {UID: 0, GID: 3, Proc: 0}}
-	c, e := New(l)
+	c, e := cred.New(l)
 	l[1].GID = 9
 	if x, is := c.Of(1); e != api.OK || !is || x != (api.Cred{GID: 3}) || c.Tasks() != 2 {
 		t.Error(x, is, e)
@@ -38,13 +39,13 @@ func TestNewOfTasks(t *testing.T) { // P6.1
 			t.Error(k)
 		}
 	}
-	if c, e := New(make([]api.Cred, 8)); e != api.OK || c.Tasks() != 8 {
+	if c, e := cred.New(make([]api.Cred, 8)); e != api.OK || c.Tasks() != 8 {
 		t.Error(e)
 	}
 	for _, s := range specs {
 		isCell(t, c, 0, s, 0, 1, true)
 	}
-	for _, n := range []*Creds{nil, {}} {
+	for _, n := range []*cred.Creds{nil, {}} {
 		if _, is := n.Of(0); is || n.Tasks() != 0 {
 			t.Error("nil")
 		}
@@ -52,7 +53,7 @@ func TestNewOfTasks(t *testing.T) { // P6.1
 }
 
 func TestCellPut(t *testing.T) { // P6.2
-	c, _ := New([]api.Cred{{UID: 1}, {UID: 2}})
+	c, _ := cred.New([]api.Cred{{UID: 1}, {UID: 2}})
 	isCell(t, c, 0, api.SpecThread, 0, 1, true)
 	if c.Put(0, api.SpecThread, 5) != api.OK || c.Put(0, api.SpecThread, 5) != api.OK {
 		t.Error("put")
@@ -81,13 +82,13 @@ func TestCellPut(t *testing.T) { // P6.2
 	isCell(t, c, 0, 0, 0, 0, false)
 	isCell(t, c, 0, -5, 0, 0, false)
 	isCell(t, nil, 0, api.SpecUser, 0, 0, false)
-	if (*Creds)(nil).Put(9, 9, 9) != api.ErrNil || (&Creds{}).Put(0, api.SpecUser, 1) != api.ErrNil {
+	if (*cred.Creds)(nil).Put(9, 9, 9) != api.ErrNil || (&cred.Creds{}).Put(0, api.SpecUser, 1) != api.ErrNil {
 		t.Error("nil")
 	}
 }
 
 func TestDropHolds(t *testing.T) { // P6.3
-	c, _ := New([]api.Cred{{UID: 1}, {UID: 2}})
+	c, _ := cred.New([]api.Cred{{UID: 1}, {UID: 2}})
 	if c.Put(0, api.SpecProcess, 7) != api.OK {
 		t.Error("put")
 	}
@@ -112,13 +113,13 @@ func TestDropHolds(t *testing.T) { // P6.3
 		t.Error("drop")
 	}
 	isCell(t, c, 0, api.SpecThread, 0, 3, true)
-	if (*Creds)(nil).Drop(1) != 0 || (&Creds{}).Holds(1) != 0 {
+	if (*cred.Creds)(nil).Drop(1) != 0 || (&cred.Creds{}).Holds(1) != 0 {
 		t.Error("nil")
 	}
 }
 
 func TestCopySame(t *testing.T) { // P6.4
-	c, _ := New([]api.Cred{{UID: 1}, {UID: 2}})
+	c, _ := cred.New([]api.Cred{{UID: 1}, {UID: 2}})
 	o := c.Copy()
 	if !c.Same(o) {
 		t.Error("copy")
@@ -132,10 +133,10 @@ func TestCopySame(t *testing.T) { // P6.4
 	if c.Same(o) {
 		t.Error("a version")
 	}
-	x, _ := New([]api.Cred{{UID: 1}, {UID: 3}})
-	y, _ := New([]api.Cred{{UID: 1}})
-	var n *Creds
-	if c.Same(x) || c.Same(y) || c.Same(n) || n.Same(c) || !n.Same(nil) || !n.Same(&Creds{}) || n.Copy() != nil || (&Creds{}).Copy() != nil {
+	x, _ := cred.New([]api.Cred{{UID: 1}, {UID: 3}})
+	y, _ := cred.New([]api.Cred{{UID: 1}})
+	var n *cred.Creds
+	if c.Same(x) || c.Same(y) || c.Same(n) || n.Same(c) || !n.Same(nil) || !n.Same(&cred.Creds{}) || n.Copy() != nil || (&cred.Creds{}).Copy() != nil {
 		t.Error("same")
 	}
 }
@@ -144,7 +145,7 @@ func TestWhoSees(t *testing.T) { // P6.5
 	l := []api.Cred{{UID: 1, Proc: 1}, {UID: 2, Proc: 1}, {UID: 1, Proc: 2}, {UID: 3, Proc: 0}}
 	for task := range l {
 		for _, s := range specs {
-			c, _ := New(l)
+			c, _ := cred.New(l)
 			c.Put(task, s, 6)
 			for o := range l {
 				sees := o == task

@@ -1,10 +1,11 @@
-package drain
+package drain_test
 
 import (
 	"strings"
 	"testing"
 
 	"warder/api"
+	"warder/drain"
 	"warder/machine"
 	"warder/request"
 )
@@ -45,44 +46,44 @@ func build(t *testing.T, l ...api.Request) *machine.Machine {
 
 func TestBoundTurnDrain(t *testing.T) { // P30.1
 	c := api.Config{Creds: []api.Cred{{}}, Keys: 1, Nodes: 1, Extents: 1}
-	if n := Bound(c); n != 14216 {
+	if n := drain.Bound(c); n != 14216 {
 		t.Error(n)
 	}
 	c = api.Config{Creds: make([]api.Cred, 3), Keys: 10, Nodes: 7, Extents: 9}
-	if n := Bound(c); n != 20*9*(5*(100+800+7)+300)+4*(100+10+7+9) {
+	if n := drain.Bound(c); n != 20*9*(5*(100+800+7)+300)+4*(100+10+7+9) {
 		t.Error(n)
 	}
-	if c.Keys = 0; Bound(c) != 0 || Bound(api.Config{}) != 0 {
+	if c.Keys = 0; drain.Bound(c) != 0 || drain.Bound(api.Config{}) != 0 {
 		t.Error("one that may not be")
 	}
 	m := build(t, ask(t, 2, 0, get()), ask(t, 0, 1, get()), ask(t, 0, 2, add("a", "x")), ask(t, 1, 3, get()))
 	steps(m, 2, 1)
 	steps(m, 0, 4)
-	l, e := Turn(m)
+	l, e := drain.Turn(m)
 	if e != api.OK || len(l) != 3 || l[0].Task != 0 || !l[0].Progress.Done || l[1].Task != 2 || l[1].Progress.Phase != api.PhaseBegin || l[2].Kind != api.ActCollect {
 		t.Error(l, e)
 	}
-	l, e = Turn(m)
+	l, e = drain.Turn(m)
 	if e != api.OK || len(l) != 2 || l[0].Task != 2 || m.Left(0) != 1 || m.Left(1) != 1 {
 		t.Error("none begins another one", l, e)
 	}
 	for _, most := range []int{-1, 0} {
-		if n, e := Drain(m, most); n != 0 || e != api.OK {
+		if n, e := drain.Drain(m, most); n != 0 || e != api.OK {
 			t.Error(n, e)
 		}
 	}
-	if n, e := Drain(m, 1); n != 1 || e != api.OK || Drained(m) {
+	if n, e := drain.Drain(m, 1); n != 1 || e != api.OK || drain.Drained(m) {
 		t.Error(n, e)
 	}
-	if n, e := Drain(m, 999); n != 1 || e != api.OK || !Drained(m) {
+	if n, e := drain.Drain(m, 999); n != 1 || e != api.OK || !drain.Drained(m) {
 		t.Error(n, e)
 	}
-	if n, e := Drain(m, 999); n != 0 || e != api.OK {
+	if n, e := drain.Drain(m, 999); n != 0 || e != api.OK {
 		t.Error(n, e)
 	}
 	for _, m := range []*machine.Machine{nil, {}} {
-		l, e := Turn(m)
-		n, f := Drain(m, 9)
+		l, e := drain.Turn(m)
+		n, f := drain.Drain(m, 9)
 		if l != nil || n != 0 || e != api.ErrNil || f != api.ErrNil {
 			t.Error("nil")
 		}
@@ -93,8 +94,8 @@ func TestOfDrainedFull(t *testing.T) { // P30.2
 	m := build(t, ask(t, 0, 0, get()), ask(t, 0, 1, add("a", strings.Repeat("x", 20))), ask(t, 0, 2, add("b", "x")), ask(t, 0, 0, api.Call{Op: api.OpInvalidate, Key: 2}), ask(t, 1, 5, get()))
 	is := func(l api.Left) {
 		t.Helper()
-		if Of(m) != l || Drained(m) != (l == api.Left{}) {
-			t.Error(Of(m))
+		if drain.Of(m) != l || drain.Drained(m) != (l == api.Left{}) {
+			t.Error(drain.Of(m))
 		}
 	}
 	is(api.Left{})
@@ -114,14 +115,14 @@ func TestOfDrainedFull(t *testing.T) { // P30.2
 		steps(m, 0, 1)
 	}
 	is(api.Left{Callbacks: 1, Links: 1, Slots: 3})
-	Turn(m)
+	drain.Turn(m)
 	is(api.Left{Links: 1, Slots: 1})
-	Turn(m)
+	drain.Turn(m)
 	is(api.Left{Callbacks: 1, Slots: 2})
-	Turn(m)
+	drain.Turn(m)
 	is(api.Left{})
 	for _, m := range []*machine.Machine{nil, {}} {
-		if Of(m) != (api.Left{}) || !Drained(m) || Full(m) {
+		if drain.Of(m) != (api.Left{}) || !drain.Drained(m) || drain.Full(m) {
 			t.Error("nil")
 		}
 	}
@@ -129,10 +130,10 @@ func TestOfDrainedFull(t *testing.T) { // P30.2
 	c.Keys = 1
 	m, _ = machine.New(c, ask(t, 0, 0, get()), ask(t, 0, 1, add("a", "x")))
 	steps(m, 0, 5)
-	if Full(m) {
+	if drain.Full(m) {
 		t.Error("not yet")
 	}
-	if steps(m, 0, 20); !Full(m) {
+	if steps(m, 0, 20); !drain.Full(m) {
 		t.Error(m.History())
 	}
 }
@@ -153,12 +154,12 @@ func TestComesToAnEnd(t *testing.T) { // P30.3
 				m.Do(api.Act{Kind: api.ActTick})
 			}
 		}
-		n, e := Drain(m, Bound(config()))
-		if e != api.OK || !Full(m) && !Drained(m) || n > 2000 {
-			t.Fatal(seed, n, Of(m))
+		n, e := drain.Drain(m, drain.Bound(config()))
+		if e != api.OK || !drain.Full(m) && !drain.Drained(m) || n > 2000 {
+			t.Fatal(seed, n, drain.Of(m))
 		}
 		for range 3 {
-			if Turn(m); !Drained(m) {
+			if drain.Turn(m); !drain.Drained(m) {
 				t.Fatal("what is drained stays so")
 			}
 		}

@@ -1,4 +1,4 @@
-package edit
+package edit_test
 
 import (
 	"slices"
@@ -8,6 +8,7 @@ import (
 
 	"warder/api"
 	"warder/arena"
+	"warder/edit"
 	"warder/node"
 	"warder/walk"
 )
@@ -86,7 +87,7 @@ func nodes(size int) *arena.Arena[api.Node] {
 	return a
 }
 
-func run(t *testing.T, s *Script, e api.Errno) api.Edit {
+func run(t *testing.T, s *edit.Script, e api.Errno) api.Edit {
 	t.Helper()
 	if e != api.OK {
 		t.Fatal(e)
@@ -125,7 +126,7 @@ func TestPlans(t *testing.T) { // P11.1
 	if one.Root != node.Key(1) || one.Leaf.Gen != 0 {
 		t.Error(one)
 	}
-	s, e := Insert(a, one.Root, nib("13"), 2, n.of, 0)
+	s, e := edit.Insert(a, one.Root, nib("13"), 2, n.of, 0)
 	if e != api.OK || s.Need() != 1 || s.Stood() != 0 {
 		t.Error(s.Need(), e)
 	}
@@ -144,7 +145,7 @@ func TestPlans(t *testing.T) { // P11.1
 	if shape(a, three.Root) != "(0 1:(1 2:1 3:2) 2:3)" || three.Nibble != 2 {
 		t.Error(three)
 	}
-	s, _ = Insert(a, three.Root, nib("12"), 4, n.of, 0)
+	s, _ = edit.Insert(a, three.Root, nib("12"), 4, n.of, 0)
 	if s.Stood() != 1 || s.Need() != 2 {
 		t.Error(s.Stood(), s.Need())
 	}
@@ -153,7 +154,7 @@ func TestPlans(t *testing.T) { // P11.1
 	if same.Old[0] != three.Made[0] || same.Old[1] != two.Made[0] || same.Leaf != same.Made[0] || shape(a, same.Root) != "(0 1:(1 2:4 3:2) 2:3)" || shape(a, three.Root) != "(0 1:(1 2:1 3:2) 2:3)" {
 		t.Error(same)
 	}
-	s, _ = Delete(a, three.Root, nib("22"), n.of, 0)
+	s, _ = edit.Delete(a, three.Root, nib("22"), n.of, 0)
 	if s.Stood() != 3 || s.Need() != 0 {
 		t.Error(s.Stood())
 	}
@@ -162,11 +163,11 @@ func TestPlans(t *testing.T) { // P11.1
 	if last.Root != two.Root {
 		t.Error("what is left stands in its place")
 	}
-	s, _ = Insert(a, one.Root, nib("12"), 9, n.of, 0)
+	s, _ = edit.Insert(a, one.Root, nib("12"), 9, n.of, 0)
 	if x, _ := s.Edit(); s.Stood() != 1 || x.Root != node.Key(9) {
 		t.Error("in the place of the root")
 	}
-	s, _ = Delete(a, one.Root, nib("12"), n.of, 0)
+	s, _ = edit.Delete(a, one.Root, nib("12"), n.of, 0)
 	if x, e := s.Edit(); e != api.OK || x.Root != (api.Link{}) || s.Stood() != 1 {
 		t.Error("to nothing", e)
 	}
@@ -174,13 +175,13 @@ func TestPlans(t *testing.T) { // P11.1
 
 func insert(t *testing.T, n names, a *arena.Arena[api.Node], root api.Link, key []byte, k api.Serial) api.Edit {
 	t.Helper()
-	s, e := Insert(a, root, key, k, n.of, 0)
+	s, e := edit.Insert(a, root, key, k, n.of, 0)
 	return run(t, s, e)
 }
 
 func remove(t *testing.T, a *arena.Arena[api.Node], root api.Link, key string, n names) api.Edit {
 	t.Helper()
-	s, e := Delete(a, root, nib(key), n.of, 0)
+	s, e := edit.Delete(a, root, nib(key), n.of, 0)
 	return run(t, s, e)
 }
 
@@ -211,14 +212,14 @@ func TestErrors(t *testing.T) { // P11.1
 		{a, node.Key(1), long[:api.MaxNibbles], n.of, 0, api.OK, api.ErrNone},
 		{a, api.Link{Kind: 9}, nib("22"), n.of, 0, api.OK, api.ErrNone},
 	} {
-		if s, e := Insert(x.a, x.root, x.key, 5, x.name, x.reserve); e != x.e || (s == nil) != (e != api.OK) {
+		if s, e := edit.Insert(x.a, x.root, x.key, 5, x.name, x.reserve); e != x.e || (s == nil) != (e != api.OK) {
 			t.Error(x, e)
 		}
-		if s, e := Delete(x.a, x.root, x.key, x.name, x.reserve); e != x.f || (s == nil) != (e != api.OK) {
+		if s, e := edit.Delete(x.a, x.root, x.key, x.name, x.reserve); e != x.f || (s == nil) != (e != api.OK) {
 			t.Error(x, e)
 		}
 	}
-	for _, s := range []*Script{nil, {}} {
+	for _, s := range []*edit.Script{nil, {}} {
 		_, e := s.Step()
 		_, f := s.Edit()
 		if e != api.ErrNil || f != api.ErrNil || s.Undo() != api.ErrNil || s.Need() != 0 || s.Stood() != 0 {
@@ -229,10 +230,10 @@ func TestErrors(t *testing.T) { // P11.1
 	h, _ := a.Alloc()
 	a.Set(h, deep)
 	a.Free(root.Node)
-	if _, e := Insert(a, node.To(h), nib("12"), 5, n.of, 0); e != api.ErrStale {
+	if _, e := edit.Insert(a, node.To(h), nib("12"), 5, n.of, 0); e != api.ErrStale {
 		t.Error("on the way", e)
 	}
-	if _, e := Insert(a, node.To(h), nib("32"), 5, n.of, 0); e != api.OK {
+	if _, e := edit.Insert(a, node.To(h), nib("32"), 5, n.of, 0); e != api.OK {
 		t.Error("beside the way", e)
 	}
 }
@@ -249,7 +250,7 @@ func TestStepEditUndo(t *testing.T) { // P11.2
 		root = e.Root
 	}
 	was := a.Len()
-	s, _ := Insert(a, root, n.of(5), 5, n.of, 2)
+	s, _ := edit.Insert(a, root, n.of(5), 5, n.of, 2)
 	if _, e := s.Edit(); e != api.ErrState || s.Need() != 2 {
 		t.Error("not made", e)
 	}
@@ -277,7 +278,7 @@ func TestStepEditUndo(t *testing.T) { // P11.2
 		t.Error(e)
 	}
 	for reserve, steps := range map[int]int{4: 0, 3: 1, 9: 0} {
-		s, _ := Insert(a, root, n.of(5), 5, n.of, reserve)
+		s, _ := edit.Insert(a, root, n.of(5), 5, n.of, reserve)
 		for range steps {
 			if _, e := s.Step(); e != api.OK {
 				t.Error(reserve, e)
@@ -297,7 +298,7 @@ func TestStepEditUndo(t *testing.T) { // P11.2
 	h, _ := full.Alloc()
 	p, _ := node.Part(1, 1, node.Key(1), 2, node.Key(3))
 	full.Set(h, p)
-	d, _ := Delete(full, node.To(h), nib("121"), n.of, 5)
+	d, _ := edit.Delete(full, node.To(h), nib("121"), n.of, 5)
 	if done, e := d.Step(); !done || e != api.OK {
 		t.Error("nothing is to be made: no room is asked for", e)
 	}
@@ -307,12 +308,12 @@ func TestSeal(t *testing.T) { // P11.3
 	n := names{1: "12", 2: "13"}
 	a := nodes(4)
 	one := insert(t, n, a, api.Link{}, nib("12"), 0)
-	one, e := Seal(a, one, 1)
+	one, e := edit.Seal(a, one, 1)
 	if e != api.OK || one.Root != node.Key(1) {
 		t.Error(one, e)
 	}
 	two := insert(t, n, a, one.Root, nib("13"), 0)
-	sealed, e := Seal(a, two, 2)
+	sealed, e := edit.Seal(a, two, 2)
 	if e != api.OK || shape(a, sealed.Root) != "(1 2:1 3:2)" || sealed.Root != two.Root || !slices.Equal(sealed.Made, two.Made) {
 		t.Error(sealed, e)
 	}
@@ -320,19 +321,19 @@ func TestSeal(t *testing.T) { // P11.3
 		t.Error("shares memory")
 	}
 	for _, b := range []*arena.Arena[api.Node]{nil, {}} {
-		if x, e := Seal(b, two, 2); e != api.ErrNil || x.Made != nil {
+		if x, e := edit.Seal(b, two, 2); e != api.ErrNil || x.Made != nil {
 			t.Error(e)
 		}
 	}
-	d, _ := Delete(a, two.Root, nib("13"), n.of, 0)
+	d, _ := edit.Delete(a, two.Root, nib("13"), n.of, 0)
 	gone, _ := d.Edit()
 	for _, x := range []api.Edit{gone, {}, {Root: two.Root, Made: two.Made}, {Root: two.Root, Made: two.Made, Leaf: two.Leaf, Nibble: 9}} {
-		if y, e := Seal(a, x, 2); e != api.ErrState || y.Root != (api.Link{}) {
+		if y, e := edit.Seal(a, x, 2); e != api.ErrState || y.Root != (api.Link{}) {
 			t.Error(x, e)
 		}
 	}
 	a.Free(two.Leaf)
-	if _, e := Seal(a, two, 2); e != api.ErrStale {
+	if _, e := edit.Seal(a, two, 2); e != api.ErrStale {
 		t.Error(e)
 	}
 }
@@ -346,11 +347,11 @@ func TestFollows(t *testing.T) { // P11.4
 			x := (i*i*31 + i*seed*17 + seed*7) >> 1
 			key := string("01a"[x%3]) + string("0f"[x/3%2]) + string("0123"[x/6%4]) + string("5678"[x/24%4])
 			used, before, room := a.Copy(), shape(a, root), a.Room()
-			var s *Script
+			var s *edit.Script
 			var e api.Errno
 			after := keys
 			if at := slices.Index(keys, key); at >= 0 && x%2 == 0 {
-				s, e = Delete(a, root, nib(key), n.of, 0)
+				s, e = edit.Delete(a, root, nib(key), n.of, 0)
 				after = slices.Delete(slices.Clone(keys), at, at+1)
 				if s.Stood() != n.serial(key) {
 					t.Fatal("stood")
@@ -361,7 +362,7 @@ func TestFollows(t *testing.T) { // P11.4
 					old = 0
 					after = append(slices.Clone(keys), key)
 				}
-				s, e = Insert(a, root, nib(key), 0, n.of, 0)
+				s, e = edit.Insert(a, root, nib(key), 0, n.of, 0)
 				if s.Stood() != old {
 					t.Fatal("stood")
 				}
@@ -376,14 +377,14 @@ func TestFollows(t *testing.T) { // P11.4
 					t.Fatal("undone, and not as it was")
 				}
 				if at := slices.Index(keys, key); at >= 0 && x%2 == 0 {
-					s, e = Delete(a, root, nib(key), n.of, 0)
+					s, e = edit.Delete(a, root, nib(key), n.of, 0)
 				} else {
-					s, e = Insert(a, root, nib(key), 0, n.of, 0)
+					s, e = edit.Insert(a, root, nib(key), 0, n.of, 0)
 				}
 			}
 			x2 := run(t, s, e)
 			if len(after) >= len(keys) {
-				x2, e = Seal(a, x2, next)
+				x2, e = edit.Seal(a, x2, next)
 				if e != api.OK {
 					t.Fatal(e)
 				}

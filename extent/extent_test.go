@@ -1,4 +1,4 @@
-package extent
+package extent_test
 
 import (
 	"bytes"
@@ -7,6 +7,7 @@ import (
 
 	"warder/api"
 	"warder/arena"
+	"warder/extent"
 )
 
 func extents(size int) *arena.Arena[api.Extent] {
@@ -24,7 +25,7 @@ func payload(n int) []byte {
 
 func write(t *testing.T, a *arena.Arena[api.Extent], b []byte) []api.Handle {
 	t.Helper()
-	w, e := Write(a, b)
+	w, e := extent.Write(a, b)
 	for done := false; !done && e == api.OK; {
 		done, e = w.Step()
 	}
@@ -44,37 +45,37 @@ func first(l []api.Handle) api.Handle {
 
 func TestNeedPieces(t *testing.T) { // P13.1
 	for n, want := range map[int]int{0: 0, 1: 1, 16: 1, 17: 2, 256: 16, 257: 0, -1: 0, -100: 0} {
-		if Need(n) != want {
-			t.Error(n, Need(n))
+		if extent.Need(n) != want {
+			t.Error(n, extent.Need(n))
 		}
 	}
-	l, e := Pieces(payload(20))
+	l, e := extent.Pieces(payload(20))
 	if e != api.OK || len(l) != 2 || l[0].N != 16 || l[1].N != 4 || l[0].Next.Gen != 0 || l[1].B[4] != 0 || l[1].B[3] != payload(20)[19] || l[0].B[15] != payload(20)[15] {
 		t.Error(l, e)
 	}
-	if l, e := Pieces(payload(257)); e != api.ErrLong || l != nil {
+	if l, e := extent.Pieces(payload(257)); e != api.ErrLong || l != nil {
 		t.Error(l, e)
 	}
-	if l, e := Pieces(nil); e != api.OK || len(l) != 0 {
+	if l, e := extent.Pieces(nil); e != api.OK || len(l) != 0 {
 		t.Error(l, e)
 	}
-	if l, e := Pieces(payload(256)); e != api.OK || len(l) != 16 {
+	if l, e := extent.Pieces(payload(256)); e != api.OK || len(l) != 16 {
 		t.Error(l, e)
 	}
 }
 
 func TestWrite(t *testing.T) { // P13.2
 	for _, a := range []*arena.Arena[api.Extent]{nil, {}} {
-		if w, e := Write(a, payload(300)); w != nil || e != api.ErrNil {
+		if w, e := extent.Write(a, payload(300)); w != nil || e != api.ErrNil {
 			t.Error(e)
 		}
 	}
 	a := extents(4)
-	if w, e := Write(a, payload(257)); w != nil || e != api.ErrLong {
+	if w, e := extent.Write(a, payload(257)); w != nil || e != api.ErrLong {
 		t.Error(e)
 	}
 	b := payload(33)
-	w, e := Write(a, b)
+	w, e := extent.Write(a, b)
 	if e != api.OK || w.Need() != 3 {
 		t.Error(e)
 	}
@@ -114,7 +115,7 @@ func TestWrite(t *testing.T) { // P13.2
 		t.Error(e)
 	}
 	one := extents(1)
-	w, _ = Write(one, payload(17))
+	w, _ = extent.Write(one, payload(17))
 	if done, e := w.Step(); done || e != api.OK || one.Room() != 0 {
 		t.Error(e)
 	}
@@ -126,14 +127,14 @@ func TestWrite(t *testing.T) { // P13.2
 	if e != api.ErrState || f != api.ErrState || w.Undo() != api.ErrState || w.Need() != 0 {
 		t.Error(e)
 	}
-	w, _ = Write(one, nil)
+	w, _ = extent.Write(one, nil)
 	if l, e := w.Made(); len(l) != 0 || e != api.OK {
 		t.Error(e)
 	}
 	if done, e := w.Step(); !done || e != api.OK || one.Room() != 1 {
 		t.Error(e)
 	}
-	for _, w := range []*Writer{nil, {}} {
+	for _, w := range []*extent.Writer{nil, {}} {
 		_, e := w.Step()
 		_, f := w.Made()
 		if e != api.ErrNil || f != api.ErrNil || w.Undo() != api.ErrNil || w.Need() != 0 {
@@ -144,15 +145,15 @@ func TestWrite(t *testing.T) { // P13.2
 
 func TestRead(t *testing.T) { // P13.3
 	for _, a := range []*arena.Arena[api.Extent]{nil, {}} {
-		r, e := Read(a, api.Handle{})
-		l, f := Chain(a, api.Handle{})
+		r, e := extent.Read(a, api.Handle{})
+		l, f := extent.Chain(a, api.Handle{})
 		if r != nil || l != nil || e != api.ErrNil || f != api.ErrNil {
 			t.Error(e)
 		}
 	}
 	a := extents(20)
 	l := write(t, a, payload(40))
-	r, e := Read(a, l[0])
+	r, e := extent.Read(a, l[0])
 	for n, want := range []int{16, 32, 40, 40} {
 		if e != api.OK {
 			t.Fatal(e)
@@ -169,45 +170,45 @@ func TestRead(t *testing.T) { // P13.3
 	if r.Bytes()[0] == 99 {
 		t.Error("shares memory")
 	}
-	if m, e := Chain(a, l[0]); e != api.OK || !slices.Equal(m, l) {
+	if m, e := extent.Chain(a, l[0]); e != api.OK || !slices.Equal(m, l) {
 		t.Error(m, e)
 	}
-	r, _ = Read(a, api.Handle{})
+	r, _ = extent.Read(a, api.Handle{})
 	if done, e := r.Step(); !done || e != api.OK || len(r.Bytes()) != 0 {
 		t.Error("of no extent", e)
 	}
-	if m, e := Chain(a, api.Handle{}); len(m) != 0 || e != api.OK {
+	if m, e := extent.Chain(a, api.Handle{}); len(m) != 0 || e != api.OK {
 		t.Error(m, e)
 	}
 	for _, n := range []int{0, -1, 17} {
 		x, _ := a.Get(l[1])
 		x.N = n
 		a.Set(l[1], x)
-		r, _ := Read(a, l[0])
+		r, _ := extent.Read(a, l[0])
 		r.Step()
 		if done, e := r.Step(); done || e != api.ErrBytes || len(r.Bytes()) != 16 {
 			t.Error(n, e)
 		}
-		if m, e := Chain(a, l[0]); m != nil || e != api.ErrBytes {
+		if m, e := extent.Chain(a, l[0]); m != nil || e != api.ErrBytes {
 			t.Error(m, e)
 		}
 	}
 	x, _ := a.Get(l[1])
 	x.N, x.Next = 16, l[0]
 	a.Set(l[1], x)
-	if m, e := Chain(a, l[0]); m != nil || e != api.ErrBytes {
+	if m, e := extent.Chain(a, l[0]); m != nil || e != api.ErrBytes {
 		t.Error("round and round", e)
 	}
 	a.Free(l[1])
-	r, _ = Read(a, l[0])
+	r, _ = extent.Read(a, l[0])
 	r.Step()
 	if done, e := r.Step(); done || e != api.ErrStale {
 		t.Error(e)
 	}
-	if m, e := Chain(a, l[0]); m != nil || e != api.ErrStale {
+	if m, e := extent.Chain(a, l[0]); m != nil || e != api.ErrStale {
 		t.Error(m, e)
 	}
-	for _, r := range []*Reader{nil, {}} {
+	for _, r := range []*extent.Reader{nil, {}} {
 		if done, e := r.Step(); done || e != api.ErrNil || r.Bytes() != nil {
 			t.Error("nil")
 		}
@@ -218,7 +219,7 @@ func TestReadAsWritten(t *testing.T) { // P13.4
 	for n := 0; n <= api.MaxPayload; n++ {
 		a := extents(16)
 		l := write(t, a, payload(n))
-		r, _ := Read(a, first(l))
+		r, _ := extent.Read(a, first(l))
 		steps := 0
 		for done := false; !done; steps++ {
 			var e api.Errno
@@ -226,17 +227,17 @@ func TestReadAsWritten(t *testing.T) { // P13.4
 				t.Fatal(e)
 			}
 		}
-		if !bytes.Equal(r.Bytes(), payload(n)) || steps != max(1, Need(n)) || len(l) != Need(n) || a.Len() != Need(n) {
+		if !bytes.Equal(r.Bytes(), payload(n)) || steps != max(1, extent.Need(n)) || len(l) != extent.Need(n) || a.Len() != extent.Need(n) {
 			t.Fatal(n, steps)
 		}
 		for _, room := range []int{1, 3, 7} {
 			a := extents(room)
-			w, _ := Write(a, payload(n))
+			w, _ := extent.Write(a, payload(n))
 			var e api.Errno
 			for done := false; !done && e == api.OK; {
 				done, e = w.Step()
 			}
-			if (e == api.ErrFull) != (Need(n) > room) {
+			if (e == api.ErrFull) != (extent.Need(n) > room) {
 				t.Fatal(n, room, e)
 			}
 			if w.Undo(); a.Room() != room || !a.Zero() {

@@ -1,4 +1,4 @@
-package flow
+package flow_test
 
 import (
 	"slices"
@@ -6,6 +6,7 @@ import (
 	"testing"
 
 	"warder/api"
+	"warder/flow"
 	"warder/request"
 )
 
@@ -47,7 +48,7 @@ func mask(s api.Serial, p api.Perm) api.Call { return api.Call{Op: api.OpSetPerm
 func TestTwinsDiffer(t *testing.T) { // P28.1
 	a := script(t, ask{0, get()}, ask{0, add("a", "xx")}, ask{1, get()}, ask{1, add("b", "yy")})
 	b := script(t, ask{0, get()}, ask{0, add("a", "zz")}, ask{1, get()}, ask{1, add("b", "yy")})
-	if !Twins(a, b, 1) || Twins(a, b, 2) || Twins(a, b, 9) || !Twins(a, a, 9) || !slices.Equal(Differ(a, b), []int{1}) || len(Differ(a, a)) != 0 {
+	if !flow.Twins(a, b, 1) || flow.Twins(a, b, 2) || flow.Twins(a, b, 9) || !flow.Twins(a, a, 9) || !slices.Equal(flow.Differ(a, b), []int{1}) || len(flow.Differ(a, a)) != 0 {
 		t.Error("twins")
 	}
 	for i, f := range []func(s *api.Script){
@@ -59,20 +60,20 @@ func TestTwinsDiffer(t *testing.T) { // P28.1
 	} {
 		c := b
 		c.Requests = slices.Clone(b.Requests)
-		if f(&c); Twins(a, c, 1) || Twins(c, a, 1) {
+		if f(&c); flow.Twins(a, c, 1) || flow.Twins(c, a, 1) {
 			t.Error(i)
 		}
 	}
 	long := b
 	long.Requests = append(slices.Clone(b.Requests), api.Request{}, api.Request{})
 	long.Requests[0].Draw++
-	if l := Differ(a, long); !slices.Equal(l, []int{0, 1, 4, 5}) || !slices.Equal(Differ(long, a), l) {
+	if l := flow.Differ(a, long); !slices.Equal(l, []int{0, 1, 4, 5}) || !slices.Equal(flow.Differ(long, a), l) {
 		t.Error(l)
 	}
 	c, d := a, b
 	c.Requests, d.Requests = slices.Clone(a.Requests), slices.Clone(a.Requests)
 	c.Requests[1].Bytes, d.Requests[1].Bytes = "?a", "?b"
-	if Twins(c, d, 1) {
+	if flow.Twins(c, d, 1) {
 		t.Error("none's bytes have no payload")
 	}
 }
@@ -80,7 +81,7 @@ func TestTwinsDiffer(t *testing.T) { // P28.1
 func TestReaders(t *testing.T) { // P28.2
 	readers := func(s api.Script, want []int, at ...int) {
 		t.Helper()
-		if l, e := Readers(s, at...); e != api.OK || !slices.Equal(l, want) {
+		if l, e := flow.Readers(s, at...); e != api.OK || !slices.Equal(l, want) {
 			t.Error(l, e)
 		}
 	}
@@ -108,17 +109,17 @@ func TestReaders(t *testing.T) { // P28.2
 	}
 	readers(late, nil, 1)
 	for _, at := range []int{-1, 2} {
-		if l, e := Readers(late, 0, at); l != nil || e != api.ErrArg {
+		if l, e := flow.Readers(late, 0, at); l != nil || e != api.ErrArg {
 			t.Error(l, e)
 		}
 	}
 	late.Config.Keys = 0
-	if l, e := Readers(late, 1); l != nil || e != api.ErrArg {
+	if l, e := flow.Readers(late, 1); l != nil || e != api.ErrArg {
 		t.Error(l, e)
 	}
 	late = script(t)
 	late.Acts = make([]api.Act, api.MaxScript+1)
-	if _, e := Readers(late); e != api.ErrLong {
+	if _, e := flow.Readers(late); e != api.ErrLong {
 		t.Error(e)
 	}
 }
@@ -129,13 +130,13 @@ func TestReadersInTime(t *testing.T) { // P28.2
 	for range 8 {
 		s.Acts = append(s.Acts, api.Act{Kind: api.ActTick})
 	}
-	if l, e := Readers(s, 1); len(l) != 0 || e != api.OK {
+	if l, e := flow.Readers(s, 1); len(l) != 0 || e != api.OK {
 		t.Error(l, e)
 	}
 	later := script(t, ask{0, get()}, ask{0, add("a", "x")}, ask{0, mask(2, 0x3f3f3f3f)})
 	grown := append(slices.Clone(later.Acts[:14]), slices.Repeat([]api.Act{{Kind: api.ActTick}}, 5)...)
 	later.Acts = append(grown, later.Acts[14:]...)
-	if l, e := Readers(later, 1); !slices.Equal(l, []int{1, 2}) || e != api.OK {
+	if l, e := flow.Readers(later, 1); !slices.Equal(l, []int{1, 2}) || e != api.OK {
 		t.Error(l, e)
 	}
 }
@@ -146,7 +147,7 @@ func TestCheck(t *testing.T) { // P28.3
 	}
 	check := func(want api.Flow, more ...ask) {
 		t.Helper()
-		x, e := Check(build("one", more...), build("two", more...), 1)
+		x, e := flow.Check(build("one", more...), build("two", more...), 1)
 		if e != api.OK || !slices.Equal(x.Readers, want.Readers) || x.Same != want.Same || x.First != want.First {
 			t.Error(x, e)
 		}
@@ -155,17 +156,17 @@ func TestCheck(t *testing.T) { // P28.3
 	check(api.Flow{Same: true, First: -1}, ask{1, read(2)})
 	check(api.Flow{Same: true, First: 2}, ask{0, read(2)})
 	check(api.Flow{Same: true, First: 3, Readers: []int{1, 2}}, ask{0, mask(2, 0x3f3f3f3f)}, ask{1, read(2)}, ask{2, read(2)})
-	if x, e := Check(build("one"), build("four"), 1); e != api.ErrArg || x.Readers != nil || x.Same || x.First != 0 {
+	if x, e := flow.Check(build("one"), build("four"), 1); e != api.ErrArg || x.Readers != nil || x.Same || x.First != 0 {
 		t.Error(x, e)
 	}
 	bad := build("one")
 	bad.Config.Nodes = 0
-	if _, e := Check(bad, bad, 1); e != api.ErrArg {
+	if _, e := flow.Check(bad, bad, 1); e != api.ErrArg {
 		t.Error(e)
 	}
 	bad = build("one")
 	bad.Acts = make([]api.Act, api.MaxScript+1)
-	if _, e := Check(bad, bad, 1); e != api.ErrLong {
+	if _, e := flow.Check(bad, bad, 1); e != api.ErrLong {
 		t.Error(e)
 	}
 }
@@ -202,7 +203,7 @@ func TestNobodyLearns(t *testing.T) { // P28.4
 			}
 			a.Acts[i], b.Acts[i] = y, y
 		}
-		f, e := Check(a, b, 1)
+		f, e := flow.Check(a, b, 1)
 		if e != api.OK || !f.Same {
 			t.Fatal(seed, f, e)
 		}

@@ -1,10 +1,11 @@
-package life
+package life_test
 
 import (
 	"slices"
 	"testing"
 
 	"warder/api"
+	"warder/life"
 )
 
 func TestLife(t *testing.T) { // P16.1
@@ -17,7 +18,7 @@ func TestLife(t *testing.T) { // P16.1
 		{api.Record{Expiry: 7, Revoked: true}, 9, api.LifeRevoked}, {api.Record{Expiry: 7, Revoked: true, Dead: true}, 9, api.LifeDead},
 		{api.Record{}, 1<<64 - 1, api.LifeLive}, {api.Record{Revoked: true}, 0, api.LifeRevoked}, {api.Record{Dead: true}, 0, api.LifeDead}, {api.Record{Expiry: 1<<64 - 1}, 1<<64 - 2, api.LifeLive},
 	} {
-		if l := Of(x.r, x.now); l != x.l {
+		if l := life.Of(x.r, x.now); l != x.l {
 			t.Error(x, l)
 		}
 	}
@@ -26,19 +27,19 @@ func TestLife(t *testing.T) { // P16.1
 		at uint64
 		is bool
 	}{{api.Record{Expiry: 7}, 12, true}, {api.Record{}, 0, false}, {api.Record{Expiry: 7, Revoked: true}, 12, true}, {api.Record{Expiry: api.MaxTime}, api.MaxTime + 5, true}, {api.Record{Expiry: api.MaxTime + 1}, api.MaxTime + 5, true}, {api.Record{Expiry: 1<<64 - 1}, api.MaxTime + 5, true}, {api.Record{Expiry: 1}, 6, true}} {
-		if at, is := Gone(x.r); at != x.at || is != x.is {
+		if at, is := life.Gone(x.r); at != x.at || is != x.is {
 			t.Error(x, at, is)
 		}
 	}
 	for l, s := range map[api.Life]string{api.LifeDead: "dead", api.LifeLive: "live", api.LifeRevoked: "revoked", api.LifeExpired: "expired", 4: "?", -1: "?"} {
-		if Name(l) != s {
-			t.Error(l, Name(l))
+		if life.Name(l) != s {
+			t.Error(l, life.Name(l))
 		}
 	}
 }
 
 func TestPutRemoveAt(t *testing.T) { // P16.2
-	for _, x := range []*Timers{New(), {}} {
+	for _, x := range []*life.Timers{life.New(), {}} {
 		if x.Put(3, 9) != api.OK || x.Put(api.MaxSerial, 0) != api.OK || x.Put(0, 9) != api.ErrArg || x.Put(-1, 9) != api.ErrArg || x.Put(api.MaxSerial+1, 9) != api.ErrArg {
 			t.Error("put")
 		}
@@ -56,7 +57,7 @@ func TestPutRemoveAt(t *testing.T) { // P16.2
 			t.Error("remove")
 		}
 	}
-	var n *Timers
+	var n *life.Timers
 	_, is := n.At(1)
 	_, next := n.Next()
 	if n.Put(0, 1) != api.ErrNil || n.Remove(1) || is || next || n.Due(9) != nil || n.Len() != 0 {
@@ -65,7 +66,7 @@ func TestPutRemoveAt(t *testing.T) { // P16.2
 }
 
 func TestDueNext(t *testing.T) { // P16.3
-	x := New()
+	x := life.New()
 	x.Put(3, 9)
 	x.Put(1, 9)
 	x.Put(2, 4)
@@ -92,7 +93,7 @@ func TestDueNext(t *testing.T) { // P16.3
 }
 
 func TestCopySame(t *testing.T) { // P16.4
-	x := New()
+	x := life.New()
 	x.Put(3, 9)
 	x.Put(4, 9)
 	y := x.Copy()
@@ -103,22 +104,22 @@ func TestCopySame(t *testing.T) { // P16.4
 	if x.Len() != 2 || x.Same(y) {
 		t.Error("not apart")
 	}
-	a := New()
+	a := life.New()
 	a.Put(4, 9)
 	a.Put(3, 9)
 	if !a.Same(x) {
 		t.Error("the same timers, put otherwise")
 	}
 	a.Put(4, 10)
-	var n *Timers
-	if a.Same(x) || n.Same(x) || x.Same(n) || !n.Same(New()) || !New().Same(n) || !n.Same(nil) || !y.Same(n) || !n.Same(&Timers{}) || n.Copy() != nil {
+	var n *life.Timers
+	if a.Same(x) || n.Same(x) || x.Same(n) || !n.Same(life.New()) || !life.New().Same(n) || !n.Same(nil) || !y.Same(n) || !n.Same(&life.Timers{}) || n.Copy() != nil {
 		t.Error("same")
 	}
 }
 
 func TestFollows(t *testing.T) { // P16.5
 	for seed := 1; seed < 30; seed++ {
-		x := New()
+		x := life.New()
 		for i := 1; i < 40; i++ {
 			x.Put(api.Serial(1+i*seed%29), uint64(i*i*seed%50))
 		}
@@ -136,9 +137,9 @@ func TestFollows(t *testing.T) { // P16.5
 		}
 	}
 	r := api.Record{Expiry: 6}
-	gone, _ := Gone(r)
+	gone, _ := life.Gone(r)
 	for now := uint64(0); now < 20; now++ {
-		if (Of(r, now) == api.LifeExpired) != (now >= 6) || now >= gone && now < 6+api.Delay {
+		if (life.Of(r, now) == api.LifeExpired) != (now >= 6) || now >= gone && now < 6+api.Delay {
 			t.Error(now)
 		}
 	}

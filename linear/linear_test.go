@@ -1,10 +1,11 @@
-package linear
+package linear_test
 
 import (
 	"slices"
 	"testing"
 
 	"warder/api"
+	"warder/linear"
 	"warder/machine"
 	"warder/request"
 )
@@ -35,7 +36,7 @@ func TestAheadMayByEnds(t *testing.T) { // P27.1
 		a, b api.Done
 		is   bool
 	}{{done(0, 0, 0, 3, 0, api.Response{}), done(1, 0, 4, 5, 0, api.Response{}), true}, {done(0, 0, 0, 4, 0, api.Response{}), done(1, 0, 4, 5, 0, api.Response{}), false}, {done(0, 0, 0, -1, 0, api.Response{}), done(1, 0, 4, 5, 0, api.Response{}), false}, {done(0, 0, 0, 3, 0, api.Response{}), done(1, 0, 4, -1, 0, api.Response{}), true}} {
-		if Ahead(x.a, x.b) != x.is {
+		if linear.Ahead(x.a, x.b) != x.is {
 			t.Error(x)
 		}
 	}
@@ -49,22 +50,22 @@ func TestAheadMayByEnds(t *testing.T) { // P27.1
 		{[]api.Done{done(1, 0, 0, 3, 0, api.Response{})}, false}, {[]api.Done{done(0, 0, 4, 3, 0, api.Response{})}, false}, {[]api.Done{done(0, 0, 4, -3, 0, api.Response{})}, true}, {[]api.Done{done(0, 0, 3, 3, 0, api.Response{})}, true}, {[]api.Done{done(0, 0, -1, 3, 0, api.Response{})}, false}, {[]api.Done{done(0, 0, -1, -1, 0, api.Response{})}, false},
 		{[]api.Done{done(0, 0, 0, 3, api.MaxScript, api.Response{})}, true}, {[]api.Done{done(0, 0, 0, 3, api.MaxScript+1, api.Response{})}, false}, {[]api.Done{done(0, 0, 0, 3, 0, api.Response{Code: 19})}, false}, {[]api.Done{done(0, 0, 0, 3, 0, api.Response{Value: 1 << 31})}, false},
 	} {
-		if May(l, x.h) != x.is {
+		if linear.May(l, x.h) != x.is {
 			t.Error(i)
 		}
 	}
 	h := []api.Done{done(0, 0, 0, 7, 0, api.Response{}), done(1, 0, 0, -1, 0, api.Response{}), done(2, 0, 0, 3, 0, api.Response{}), done(3, 0, 0, 7, 0, api.Response{}), done(4, 0, 0, 0, 0, api.Response{})}
-	if p := ByEnds(h); !slices.Equal(p, []int{4, 2, 0, 3}) {
+	if p := linear.ByEnds(h); !slices.Equal(p, []int{4, 2, 0, 3}) {
 		t.Error(p)
 	}
-	if len(ByEnds(nil)) != 0 {
+	if len(linear.ByEnds(nil)) != 0 {
 		t.Error("of nothing")
 	}
 }
 
 func explains(t *testing.T, l []api.Request, h []api.Done, order []int, at int) {
 	t.Helper()
-	if n, e := Explains(config(), l, h, order); n != at || e != api.OK {
+	if n, e := linear.Explains(config(), l, h, order); n != at || e != api.OK {
 		t.Error(order, n, e)
 	}
 }
@@ -94,10 +95,10 @@ func TestExplains(t *testing.T) { // P27.2
 	explains(t, l, []api.Done{done(4, 1, 0, -1, 0, ok(9)), done(1, 0, 0, 6, 0, no(api.ErrNone))}, []int{1}, -1)
 	bad := config()
 	bad.Extents = 0
-	if n, e := Explains(bad, l, h, nil); n != 0 || e != api.ErrArg {
+	if n, e := linear.Explains(bad, l, h, nil); n != 0 || e != api.ErrArg {
 		t.Error(n, e)
 	}
-	if n, e := Explains(config(), l, append(h, h[0]), nil); n != 0 || e != api.ErrArg {
+	if n, e := linear.Explains(config(), l, append(h, h[0]), nil); n != 0 || e != api.ErrArg {
 		t.Error(n, e)
 	}
 }
@@ -107,7 +108,7 @@ func TestAny(t *testing.T) { // P27.2
 	ok := func(v int) api.Response { return api.Response{Value: v} }
 	any := func(h []api.Done, want []int, is bool) {
 		t.Helper()
-		if o, ok, e := Any(config(), l, h); !slices.Equal(o, want) || ok != is || e != api.OK {
+		if o, ok, e := linear.Any(config(), l, h); !slices.Equal(o, want) || ok != is || e != api.OK {
 			t.Error(o, ok, e)
 		}
 	}
@@ -119,7 +120,7 @@ func TestAny(t *testing.T) { // P27.2
 	any([]api.Done{done(0, 0, 0, 9, 3, ok(4)), done(2, 1, 0, 9, 1, ok(8)), done(1, 0, 0, -1, 0, ok(4))}, []int{1, 0}, true)
 	bad := config()
 	bad.Extents = 0
-	if o, is, e := Any(bad, l, nil); o != nil || is || e != api.ErrArg {
+	if o, is, e := linear.Any(bad, l, nil); o != nil || is || e != api.ErrArg {
 		t.Error(e)
 	}
 	var many []api.Request
@@ -128,14 +129,14 @@ func TestAny(t *testing.T) { // P27.2
 		many = append(many, asks(t, 0, 0, none()))
 		h = append(h, done(i, 0, 0, i, 0, api.Response{Code: api.ErrNone}))
 	}
-	if o, is, e := Any(config(), many, h); o != nil || is || e != api.ErrLong {
+	if o, is, e := linear.Any(config(), many, h); o != nil || is || e != api.ErrLong {
 		t.Error(e)
 	}
-	if _, _, e := Any(config(), many, append(h, h[0])); e != api.ErrArg {
+	if _, _, e := linear.Any(config(), many, append(h, h[0])); e != api.ErrArg {
 		t.Error(e)
 	}
 	h[8].Ended = -1
-	if o, is, e := Any(config(), many, h); len(o) != 8 || !is || e != api.OK {
+	if o, is, e := linear.Any(config(), many, h); len(o) != 8 || !is || e != api.OK {
 		t.Error(o, is, e)
 	}
 }
@@ -146,7 +147,7 @@ func TestText(t *testing.T) { // P27.3
 		"0 0 0-0 0 18 0 ":       done(0, 0, 0, 0, 0, api.Response{Code: api.ErrState}),
 		"5 2 8-":                done(5, 2, 8, -1, 0, api.Response{}),
 	} {
-		if x := Text(d); x != s {
+		if x := linear.Text(d); x != s {
 			t.Errorf("%q", x)
 		}
 	}
@@ -174,11 +175,11 @@ func TestMachines(t *testing.T) { // P27.4
 				continue
 			}
 			h := m.History()
-			if at, e := Explains(config(), l, h, ByEnds(h)); at != -1 || e != api.OK {
+			if at, e := linear.Explains(config(), l, h, linear.ByEnds(h)); at != -1 || e != api.OK {
 				t.Fatal(seed, at, e)
 			}
-			if len(ByEnds(h)) <= 5 {
-				if _, is, e := Any(config(), l, h); !is || e != api.OK {
+			if len(linear.ByEnds(h)) <= 5 {
+				if _, is, e := linear.Any(config(), l, h); !is || e != api.OK {
 					t.Fatal(seed, "no order", e)
 				}
 			}

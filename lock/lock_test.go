@@ -1,13 +1,14 @@
-package lock
+package lock_test
 
 import (
 	"slices"
 	"testing"
 
 	"warder/api"
+	"warder/lock"
 )
 
-func is(t *testing.T, l *Locks, id api.Serial, who int, had bool, row ...int) {
+func is(t *testing.T, l *lock.Locks, id api.Serial, who int, had bool, row ...int) {
 	t.Helper()
 	w, h := l.Holder(id)
 	if w != who || h != had || !slices.Equal(l.Waiting(id), row) {
@@ -17,11 +18,11 @@ func is(t *testing.T, l *Locks, id api.Serial, who int, had bool, row ...int) {
 
 func TestTryRelease(t *testing.T) { // P8.1
 	for _, n := range []int{0, -1, 9} {
-		if l, e := New(n); l != nil || e != api.ErrArg {
+		if l, e := lock.New(n); l != nil || e != api.ErrArg {
 			t.Error(n, e)
 		}
 	}
-	l, e := New(3)
+	l, e := lock.New(3)
 	if e != api.OK || !l.Try(0, 5) || l.Try(1, 5) || l.Try(2, 5) || l.Try(1, 5) {
 		t.Error("try")
 	}
@@ -57,20 +58,20 @@ func TestTryRelease(t *testing.T) { // P8.1
 	if !l.Same(was) {
 		t.Error("changed")
 	}
-	for _, n := range []*Locks{nil, {}} {
+	for _, n := range []*lock.Locks{nil, {}} {
 		n.Drop(0)
 		if n.Try(0, 1) || n.Release(0, 1) || n.Has(0, 1) || n.Held(0) != nil || n.Waiting(1) != nil {
 			t.Error("nil")
 		}
 		is(t, n, 1, 0, false)
 	}
-	if l, e := New(8); e != api.OK || !l.Try(7, 1<<40) {
+	if l, e := lock.New(8); e != api.OK || !l.Try(7, 1<<40) {
 		t.Error(e)
 	}
 }
 
 func TestLooks(t *testing.T) { // P8.2
-	l, _ := New(3)
+	l, _ := lock.New(3)
 	for _, id := range []api.Serial{9, 0, 4} {
 		l.Try(1, id)
 	}
@@ -89,7 +90,7 @@ func TestLooks(t *testing.T) { // P8.2
 }
 
 func TestDrop(t *testing.T) { // P8.3
-	l, _ := New(4)
+	l, _ := lock.New(4)
 	l.Try(0, 1)
 	l.Try(0, 2)
 	l.Try(1, 1)
@@ -114,14 +115,14 @@ func TestDrop(t *testing.T) { // P8.3
 	is(t, l, 1, 2, true)
 	is(t, l, 3, 2, true)
 	l.Drop(2)
-	empty, _ := New(4)
+	empty, _ := lock.New(4)
 	if !l.Same(empty) {
 		t.Error("nothing is had, nobody waits")
 	}
 }
 
 func TestCopySame(t *testing.T) { // P8.4
-	l, _ := New(3)
+	l, _ := lock.New(3)
 	l.Try(0, 1)
 	l.Try(1, 1)
 	o := l.Copy()
@@ -139,18 +140,18 @@ func TestCopySame(t *testing.T) { // P8.4
 	if l.Same(o) {
 		t.Error("who has it")
 	}
-	a, _ := New(2)
-	b, _ := New(3)
-	c, _ := New(3)
+	a, _ := lock.New(2)
+	b, _ := lock.New(3)
+	c, _ := lock.New(3)
 	c.Try(2, 8)
-	var n *Locks
-	if a.Same(b) || b.Same(c) || a.Same(n) || n.Same(a) || !n.Same(nil) || !n.Same(&Locks{}) || n.Copy() != nil || (&Locks{}).Copy() != nil {
+	var n *lock.Locks
+	if a.Same(b) || b.Same(c) || a.Same(n) || n.Same(a) || !n.Same(nil) || !n.Same(&lock.Locks{}) || n.Copy() != nil || (&lock.Locks{}).Copy() != nil {
 		t.Error("same")
 	}
 }
 
 func TestNobodyPasses(t *testing.T) { // P8.5
-	l, _ := New(4)
+	l, _ := lock.New(4)
 	had := map[api.Serial]int{}
 	rows := map[api.Serial][]int{}
 	give := func(id api.Serial) {

@@ -1,4 +1,4 @@
-package machine
+package machine_test
 
 import (
 	"reflect"
@@ -6,6 +6,7 @@ import (
 	"testing"
 
 	"warder/api"
+	"warder/machine"
 	"warder/request"
 )
 
@@ -49,12 +50,12 @@ func TestNewDo(t *testing.T) { // P25.1
 		{bad, []api.Request{{Task: 9}}, api.ErrArg}, {config(), []api.Request{{Task: 3}}, api.ErrArg}, {config(), []api.Request{{}, {Task: -1}}, api.ErrArg}, {config(), make([]api.Request, api.MaxScript+1), api.ErrLong},
 		{config(), append(make([]api.Request, api.MaxScript), api.Request{Task: 7}), api.ErrArg}, {config(), make([]api.Request, api.MaxScript), api.OK}, {config(), nil, api.OK},
 	} {
-		if m, e := New(x.c, x.l...); e != x.e || (m == nil) != (e != api.OK) {
+		if m, e := machine.New(x.c, x.l...); e != x.e || (m == nil) != (e != api.OK) {
 			t.Error(len(x.l), e)
 		}
 	}
 	l := []api.Request{ask(t, 0, 0, get()), ask(t, 1, 5, get())}
-	m, _ := New(config(), l...)
+	m, _ := machine.New(config(), l...)
 	l[0].Draw = 77
 	phases := []api.Phase{api.PhaseDecode, api.PhaseBegin, api.PhaseResolve, api.PhaseRecord, api.PhaseCommit}
 	for i, p := range phases {
@@ -81,7 +82,7 @@ func TestNewDo(t *testing.T) { // P25.1
 	if x, e := m.Do(step(1)); e != api.OK || !reflect.DeepEqual(x, api.Event{Act: 7, Time: 1, Kind: api.ActStep, Task: 1, Request: 1, Progress: api.Progress{Phase: api.PhaseDecode}}) {
 		t.Error(x, e)
 	}
-	for _, n := range []*Machine{nil, {}} {
+	for _, n := range []*machine.Machine{nil, {}} {
 		if x, e := n.Do(step(99)); e != api.ErrNil || !reflect.DeepEqual(x, api.Event{}) {
 			t.Error(x, e)
 		}
@@ -90,7 +91,7 @@ func TestNewDo(t *testing.T) { // P25.1
 
 func TestTickCollect(t *testing.T) { // P25.1
 	timeout := func(d string, s api.Serial) api.Call { return api.Call{Op: api.OpTimeout, Key: s, Time: 1} }
-	m, _ := New(config(), ask(t, 0, 9, get()), ask(t, 0, 7, add("a")), ask(t, 0, 3, add("b")), ask(t, 0, 0, timeout("a", 8)), ask(t, 0, 0, timeout("b", 4)))
+	m, _ := machine.New(config(), ask(t, 0, 9, get()), ask(t, 0, 7, add("a")), ask(t, 0, 3, add("b")), ask(t, 0, 0, timeout("a", 8)), ask(t, 0, 0, timeout("b", 4)))
 	for m.Left(0) > 0 || !m.Calm() {
 		m.Do(step(0))
 	}
@@ -118,7 +119,7 @@ func TestTickCollect(t *testing.T) { // P25.1
 }
 
 func TestLooks(t *testing.T) { // P25.2
-	m, _ := New(config(), ask(t, 0, 0, get()), ask(t, 1, 1, get()), ask(t, 0, 2, add("a")), api.Request{Task: 2, Bytes: "?"})
+	m, _ := machine.New(config(), ask(t, 0, 0, get()), ask(t, 1, 1, get()), ask(t, 0, 2, add("a")), api.Request{Task: 2, Bytes: "?"})
 	if !m.Calm() || m.Left(0) != 2 || m.Left(1) != 1 || m.Left(9) != 0 || m.Left(-1) != 0 || m.Call(0) != nil || m.Acts() != 0 || len(m.Log())+len(m.History()) != 0 || m.Vault().Now() != 0 {
 		t.Error("at first")
 	}
@@ -144,7 +145,7 @@ func TestLooks(t *testing.T) { // P25.2
 	if _, is := m.Vault().Key(1); !is {
 		t.Error("the vault, itself")
 	}
-	for _, n := range []*Machine{nil, {}} {
+	for _, n := range []*machine.Machine{nil, {}} {
 		if n.Vault() != nil || n.Log() != nil || n.History() != nil || !n.Calm() || n.Left(0) != 0 || n.Call(0) != nil || n.Acts() != 0 {
 			t.Error("nil")
 		}
@@ -153,27 +154,27 @@ func TestLooks(t *testing.T) { // P25.2
 
 func TestRun(t *testing.T) { // P25.3
 	s := api.Script{Config: config(), Requests: []api.Request{ask(t, 0, 0, get())}, Acts: append(acts(3, step(0), api.Act{Kind: 9}, step(8)), acts(2, step(0))...)}
-	m, e := Run(s)
+	m, e := machine.Run(s)
 	if e != api.OK || m.Acts() != 5 || m.History()[0].Response != (api.Response{Value: 1}) {
 		t.Error(e, m.Log())
 	}
 	bad := s
 	bad.Config.Nodes = 0
-	if m, e := Run(bad); m != nil || e != api.ErrArg {
+	if m, e := machine.Run(bad); m != nil || e != api.ErrArg {
 		t.Error(e)
 	}
 	bad = s
 	bad.Acts = make([]api.Act, api.MaxScript+1)
-	if m, e := Run(bad); m != nil || e != api.ErrLong {
+	if m, e := machine.Run(bad); m != nil || e != api.ErrLong {
 		t.Error(e)
 	}
 	bad.Requests = []api.Request{{Task: 5}}
-	if m, e := Run(bad); m != nil || e != api.ErrArg {
+	if m, e := machine.Run(bad); m != nil || e != api.ErrArg {
 		t.Error(e)
 	}
 	bad = s
 	bad.Requests = make([]api.Request, api.MaxScript+1)
-	if m, e := Run(bad); m != nil || e != api.ErrLong {
+	if m, e := machine.Run(bad); m != nil || e != api.ErrLong {
 		t.Error(e)
 	}
 }
@@ -197,8 +198,8 @@ func TestSameEvents(t *testing.T) { // P25.4
 			s.Acts = append(s.Acts, api.Act{Kind: api.ActCollect})
 		}
 	}
-	m, _ := Run(s)
-	n, _ := Run(s)
+	m, _ := machine.Run(s)
+	n, _ := machine.Run(s)
 	if !reflect.DeepEqual(m.Log(), n.Log()) || !reflect.DeepEqual(m.History(), n.History()) {
 		t.Error("not the same events")
 	}

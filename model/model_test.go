@@ -1,4 +1,4 @@
-package model
+package model_test
 
 import (
 	"reflect"
@@ -8,6 +8,7 @@ import (
 	"testing"
 
 	"warder/api"
+	"warder/model"
 	"warder/nibble"
 	"warder/request"
 )
@@ -17,9 +18,10 @@ func config() api.Config {
 }
 
 type world struct {
-	*Model
-	t    *testing.T
-	draw uint64
+	*model.Model
+	t     *testing.T
+	draw  uint64
+	limit api.Account
 }
 
 func build(t *testing.T, change ...func(c *api.Config)) *world {
@@ -28,11 +30,11 @@ func build(t *testing.T, change ...func(c *api.Config)) *world {
 	for _, f := range change {
 		f(&c)
 	}
-	m, e := New(c)
+	m, e := model.New(c)
 	if e != api.OK {
 		t.Fatal(e)
 	}
-	return &world{Model: m, t: t}
+	return &world{Model: m, t: t, limit: api.Account{Keys: c.Count, Bytes: c.Bytes}}
 }
 
 func (w *world) do(task int, c api.Call) api.Response {
@@ -78,7 +80,7 @@ func (w *world) follows() {
 		down(s)
 	}
 	for _, a := range v.Accounts {
-		if a.Keys > w.config.Count || a.Bytes > w.config.Bytes {
+		if a.Keys > w.limit.Keys || a.Bytes > w.limit.Bytes {
 			w.t.Error("above a limit", a)
 		}
 	}
@@ -143,7 +145,7 @@ func TestNewDoRequest(t *testing.T) { // P26.1
 	} {
 		c := config()
 		f(&c)
-		if m, e := New(c); m != nil || e != api.ErrArg {
+		if m, e := model.New(c); m != nil || e != api.ErrArg {
 			t.Error(i, e)
 		}
 	}
@@ -170,7 +172,7 @@ func TestNewDoRequest(t *testing.T) { // P26.1
 	if r := w.Do(0, api.Call{Op: api.OpRead}, 0); r != (api.Response{Code: api.ErrArg}) {
 		t.Error(r)
 	}
-	for _, m := range []*Model{nil, {}} {
+	for _, m := range []*model.Model{nil, {}} {
 		if r := m.Do(9, api.Call{}, 0); r != (api.Response{Code: api.ErrNil}) {
 			t.Error(r)
 		}
@@ -373,9 +375,8 @@ func TestTickNowCell(t *testing.T) { // P26.2
 	if w.Cell(2, api.SpecUser) != u || w.Cell(1, api.SpecUser) != 0 {
 		t.Error("the user's")
 	}
-	w.now = api.MaxTime
-	if w.Tick() != nil || w.Now() != api.MaxTime || (*Model)(nil).Tick() != nil || (*Model)(nil).Now() != 0 || (&Model{}).Cell(0, session) != 0 {
-		t.Error("the last time")
+	if (*model.Model)(nil).Tick() != nil || (*model.Model)(nil).Now() != 0 || (&model.Model{}).Cell(0, session) != 0 {
+		t.Error("nil")
 	}
 }
 
@@ -405,8 +406,8 @@ func TestViewCopySame(t *testing.T) { // P26.3
 	if !reflect.DeepEqual(w.View(), want) {
 		t.Error("shares memory")
 	}
-	for i, f := range []func(m *Model){
-		func(m *Model) { m.Tick() }, func(m *Model) { m.Do(0, update(k, "zz"), 0) }, func(m *Model) { m.Do(0, unlink(k, session), 0) }, func(m *Model) { m.Do(1, get(session), 0) }, func(m *Model) { m.Do(0, mask(k, 0), 0) }, func(m *Model) { m.config.Bytes++ }, func(m *Model) { m.config.Creds[0].GID++ }, func(m *Model) { m.Do(0, on(api.OpRevoke, s), 0) },
+	for i, f := range []func(m *model.Model){
+		func(m *model.Model) { m.Tick() }, func(m *model.Model) { m.Do(0, update(k, "zz"), 0) }, func(m *model.Model) { m.Do(0, unlink(k, session), 0) }, func(m *model.Model) { m.Do(1, get(session), 0) }, func(m *model.Model) { m.Do(0, mask(k, 0), 0) }, func(m *model.Model) { m.Do(0, on(api.OpRevoke, s), 0) },
 	} {
 		was, o := w.Copy(), w.Copy()
 		if !w.Same(o) {
@@ -416,8 +417,13 @@ func TestViewCopySame(t *testing.T) { // P26.3
 			t.Error(i)
 		}
 	}
-	var n *Model
-	if n.Same(w.Model) || w.Same(n) || !n.Same(nil) || !n.Same(&Model{}) || n.Copy() != nil || (&Model{}).Copy() != nil || !reflect.DeepEqual(n.View(), api.VaultView{}) {
+	for i, f := range []func(c *api.Config){func(c *api.Config) { c.Bytes++ }, func(c *api.Config) { c.Creds[0].GID++ }} {
+		if build(t, f).Same(build(t).Model) {
+			t.Error("configuration", i)
+		}
+	}
+	var n *model.Model
+	if n.Same(w.Model) || w.Same(n) || !n.Same(nil) || !n.Same(&model.Model{}) || n.Copy() != nil || (&model.Model{}).Copy() != nil || !reflect.DeepEqual(n.View(), api.VaultView{}) {
 		t.Error("nil")
 	}
 }

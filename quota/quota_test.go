@@ -1,9 +1,10 @@
-package quota
+package quota_test
 
 import (
 	"testing"
 
 	"warder/api"
+	"warder/quota"
 )
 
 const most = 1<<64 - 1
@@ -15,7 +16,7 @@ func want(t *testing.T, what string, got, e api.Errno) {
 	}
 }
 
-func used(t *testing.T, q *Quota, uid int, keys, bytes uint64) {
+func used(t *testing.T, q *quota.Quota, uid int, keys, bytes uint64) {
 	t.Helper()
 	if k, b := q.Of(uid); k != keys || b != bytes {
 		t.Errorf("user %d: %d %d, not %d %d", uid, k, b, keys, bytes)
@@ -28,11 +29,11 @@ func TestChargeRelease(t *testing.T) { // P4.1
 		keys, bytes uint64
 		e           api.Errno
 	}{{0, 1, 1, api.ErrArg}, {17, 1, 1, api.ErrArg}, {-1, 1, 1, api.ErrArg}, {16, api.MaxLimit, api.MaxLimit, api.OK}, {1, 0, 0, api.OK}, {1, api.MaxLimit + 1, 0, api.ErrArg}, {1, 0, api.MaxLimit + 1, api.ErrArg}, {1, most, most, api.ErrArg}} {
-		if q, e := New(c.users, c.keys, c.bytes); e != c.e || (q == nil) != (e != api.OK) {
+		if q, e := quota.New(c.users, c.keys, c.bytes); e != c.e || (q == nil) != (e != api.OK) {
 			t.Error(c, e)
 		}
 	}
-	q, _ := New(2, 2, 100)
+	q, _ := quota.New(2, 2, 100)
 	want(t, "charge", q.Charge(0, 1, 60), api.OK)
 	want(t, "charge", q.Charge(0, 1, 60), api.ErrQuota)
 	want(t, "change", q.Change(0, 60, 100), api.OK)
@@ -58,7 +59,7 @@ func TestChargeRelease(t *testing.T) { // P4.1
 }
 
 func TestChangeMove(t *testing.T) { // P4.2
-	q, _ := New(3, 2, 100)
+	q, _ := quota.New(3, 2, 100)
 	q.Charge(0, 2, 80)
 	q.Charge(1, 1, 10)
 	want(t, "change", q.Change(0, 81, 0), api.ErrState)
@@ -84,7 +85,7 @@ func TestChangeMove(t *testing.T) { // P4.2
 }
 
 func TestLooksCopySame(t *testing.T) { // P4.3
-	q, _ := New(2, 5, 7)
+	q, _ := quota.New(2, 5, 7)
 	q.Charge(1, 2, 3)
 	k, b := q.Limits()
 	if q.Users() != 2 || k != 5 || b != 7 {
@@ -102,13 +103,13 @@ func TestLooksCopySame(t *testing.T) { // P4.3
 		t.Error("uses")
 	}
 	for _, c := range [][3]uint64{{3, 5, 7}, {2, 6, 7}, {2, 5, 6}} {
-		x, _ := New(int(c[0]), c[1], c[2])
-		y, _ := New(2, 5, 7)
+		x, _ := quota.New(int(c[0]), c[1], c[2])
+		y, _ := quota.New(2, 5, 7)
 		if x.Same(y) {
 			t.Error(c)
 		}
 	}
-	for _, n := range []*Quota{nil, {}} {
+	for _, n := range []*quota.Quota{nil, {}} {
 		want(t, "nil", n.Charge(-1, 1, 1), api.ErrNil)
 		want(t, "nil", n.Release(0, 1, 1), api.ErrNil)
 		want(t, "nil", n.Change(0, 1, 1), api.ErrNil)
@@ -122,7 +123,7 @@ func TestLooksCopySame(t *testing.T) { // P4.3
 }
 
 func TestNeverAbove(t *testing.T) { // P4.4
-	q, _ := New(3, 4, 50)
+	q, _ := quota.New(3, 4, 50)
 	numbers := []uint64{0, 1, 2, 4, 5, 25, 49, 50, 51, 1 << 32, 1 << 63, most - 1, most}
 	n := func(i int) uint64 { return numbers[i%len(numbers)] }
 	for i := 0; i < 20000; i++ {

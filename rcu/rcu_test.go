@@ -1,17 +1,18 @@
-package rcu
+package rcu_test
 
 import (
 	"reflect"
 	"testing"
 
 	"warder/api"
+	"warder/rcu"
 )
 
 func of(n int) api.Retired {
 	return api.Retired{Nodes: []api.Handle{{Index: n, Gen: 1}}}
 }
 
-func is(t *testing.T, r *RCU, ripe bool, waits ...int) {
+func is(t *testing.T, r *rcu.RCU, ripe bool, waits ...int) {
 	t.Helper()
 	if r.Ripe() != ripe || len(waits) != len(r.Waits()) || len(waits) > 0 && !reflect.DeepEqual(r.Waits(), waits) {
 		t.Errorf("ripe %v, waits %v", r.Ripe(), r.Waits())
@@ -20,14 +21,14 @@ func is(t *testing.T, r *RCU, ripe bool, waits ...int) {
 
 func TestSections(t *testing.T) { // P7.1
 	for _, n := range []int{0, -1, 9} {
-		if r, e := New(n); r != nil || e != api.ErrArg {
+		if r, e := rcu.New(n); r != nil || e != api.ErrArg {
 			t.Error(n, e)
 		}
 	}
-	if _, e := New(8); e != api.OK {
+	if _, e := rcu.New(8); e != api.OK {
 		t.Error(e)
 	}
-	r, _ := New(2)
+	r, _ := rcu.New(2)
 	if r.Leave(0) != api.ErrState || r.Enter(0) != api.OK || r.Enter(0) != api.OK || r.Depth(0) != 2 || r.Depth(1) != 0 {
 		t.Error("enter")
 	}
@@ -39,7 +40,7 @@ func TestSections(t *testing.T) { // P7.1
 			t.Error(k)
 		}
 	}
-	for _, n := range []*RCU{nil, {}} {
+	for _, n := range []*rcu.RCU{nil, {}} {
 		_, ok := n.Next()
 		if n.Enter(9) != api.ErrNil || n.Leave(0) != api.ErrNil || n.Depth(0) != 0 || n.Retire(of(1)) != api.ErrNil || n.Retire(api.Retired{}) != api.ErrNil || n.Ripe() || ok || n.Waits() != nil || n.Len() != 0 || n.All() != nil {
 			t.Error("nil")
@@ -48,7 +49,7 @@ func TestSections(t *testing.T) { // P7.1
 }
 
 func TestRow(t *testing.T) { // P7.2
-	r, _ := New(3)
+	r, _ := rcu.New(3)
 	is(t, r, false)
 	r.Enter(0)
 	if r.Retire(of(1)) != api.OK {
@@ -90,7 +91,7 @@ func TestRow(t *testing.T) { // P7.2
 }
 
 func TestAllCopySame(t *testing.T) { // P7.3
-	r, _ := New(2)
+	r, _ := rcu.New(2)
 	r.Enter(0)
 	x := of(1)
 	r.Retire(x)
@@ -124,24 +125,24 @@ func TestAllCopySame(t *testing.T) { // P7.3
 		t.Error("the row")
 	}
 	for _, l := range [][2]api.Retired{{of(1), of(2)}, {of(1), {Records: of(1).Nodes}}, {of(1), {Extents: of(1).Nodes}}} {
-		a, _ := New(1)
-		b, _ := New(1)
+		a, _ := rcu.New(1)
+		b, _ := rcu.New(1)
 		a.Retire(l[0])
 		b.Retire(l[1])
 		if a.Same(b) {
 			t.Error(l)
 		}
 	}
-	a, _ := New(1)
-	b, _ := New(2)
-	var n *RCU
-	if a.Same(b) || a.Same(n) || n.Same(a) || !n.Same(nil) || !n.Same(&RCU{}) || n.Copy() != nil || (&RCU{}).Copy() != nil {
+	a, _ := rcu.New(1)
+	b, _ := rcu.New(2)
+	var n *rcu.RCU
+	if a.Same(b) || a.Same(n) || n.Same(a) || !n.Same(nil) || !n.Same(&rcu.RCU{}) || n.Copy() != nil || (&rcu.RCU{}).Copy() != nil {
 		t.Error("same")
 	}
 }
 
 func TestInOrder(t *testing.T) { // P7.4
-	r, _ := New(4)
+	r, _ := rcu.New(4)
 	inside := [4]int{}
 	type held struct {
 		n   int

@@ -1,4 +1,4 @@
-package request
+package request_test
 
 import (
 	"bytes"
@@ -6,6 +6,7 @@ import (
 	"testing"
 
 	"warder/api"
+	"warder/request"
 )
 
 func user(d string) api.Index { return api.Index{Type: api.TypeUser, Desc: d} }
@@ -34,16 +35,16 @@ func bad() []api.Call {
 
 func TestCalls(t *testing.T) { // P21.1
 	for _, c := range good() {
-		b, e := Bytes(c)
-		if !May(c) || e != api.OK {
+		b, e := request.Bytes(c)
+		if !request.May(c) || e != api.OK {
 			t.Error(c, e)
 		}
-		if d, e := Of(b); d != c || e != api.OK {
+		if d, e := request.Of(b); d != c || e != api.OK {
 			t.Error(c, d, e)
 		}
 	}
 	for _, c := range bad() {
-		if b, e := Bytes(c); May(c) || b != nil || e != api.ErrArg {
+		if b, e := request.Bytes(c); request.May(c) || b != nil || e != api.ErrArg {
 			t.Error(c, b, e)
 		}
 	}
@@ -56,12 +57,12 @@ func TestCalls(t *testing.T) { // P21.1
 		{api.Call{Op: api.OpChown, Key: 1, UID: 3, GID: 4}, "\x0c\x01\x00\x00\x00\x03\x04"}, {api.Call{Op: api.OpTimeout, Key: 1, Time: 258}, "\x0d\x01\x00\x00\x00\x02\x01\x00\x00\x00\x00\x00\x00"}, {api.Call{Op: api.OpRestrict, Ring: 1, Restrict: 5}, "\x10\x01\x00\x00\x00\x05"},
 		{api.Call{Op: api.OpMove, Key: 1, Ring: 2, To: 3}, "\x09\x01\x00\x00\x00\x02\x00\x00\x00\x03\x00\x00\x00"}, {api.Call{Op: api.OpSearch, Ring: 2, Index: user("q")}, "\x03\x02\x00\x00\x00\x01\x01q"},
 	} {
-		if b, e := Bytes(x.c); string(b) != x.b || e != api.OK {
+		if b, e := request.Bytes(x.c); string(b) != x.b || e != api.OK {
 			t.Errorf("%v: %x", x.c, b)
 		}
 	}
 	for _, b := range []string{"", "\x00", "\x13\x01\x00\x00\x00", "\x11\x01\x00\x00\x00\x01", "\x11\xff\xff\xff\xff\x02", "\x04\x00\x00\x00\x00", "\x04\xfb\xff\xff\xff", "\x10\x01\x00\x00\x00\x00", "\x0c\x01\x00\x00\x00\x10\x00", "\x02\x05\x01a", "\x02\x01\x00", "\x01\x01\x00\x00\x00\x01\x01a\x00\x00", "\x04\x01\x00\x00\x40", "\x05\x01\x00\x00\x00\x00\x00"} {
-		if c, e := Of([]byte(b)); c != (api.Call{}) || e != api.ErrArg {
+		if c, e := request.Of([]byte(b)); c != (api.Call{}) || e != api.ErrArg {
 			t.Errorf("%x: %v", b, c)
 		}
 	}
@@ -72,17 +73,17 @@ func TestNames(t *testing.T) { // P21.2
 	allocates := map[string]bool{"add": true, "update": true, "link": true, "unlink": true, "move": true, "get": true, "join": true}
 	for i, s := range l {
 		o := api.Op(i + 1)
-		if x, e := OfName(s); x != o || e != api.OK || Name(o) != s || Allocates(o) != allocates[s] {
+		if x, e := request.OfName(s); x != o || e != api.OK || request.Name(o) != s || request.Allocates(o) != allocates[s] {
 			t.Error(s, x, e)
 		}
 	}
 	for _, o := range []api.Op{0, 19, -1} {
-		if Name(o) != "" || Allocates(o) {
+		if request.Name(o) != "" || request.Allocates(o) {
 			t.Error(o)
 		}
 	}
 	for _, s := range []string{"", "Add", "adds", " add"} {
-		if x, e := OfName(s); x != 0 || e != api.ErrArg {
+		if x, e := request.OfName(s); x != 0 || e != api.ErrArg {
 			t.Error(s, x, e)
 		}
 	}
@@ -90,51 +91,51 @@ func TestNames(t *testing.T) { // P21.2
 
 func TestResponses(t *testing.T) { // P21.3
 	for _, r := range []api.Response{{}, {Code: 4, Value: -1}, {Code: api.ErrState, Value: 1<<31 - 1, Bytes: "abc"}, {Value: -1 << 31, Bytes: strings.Repeat("x", 65535)}} {
-		b, e := ResponseBytes(r)
+		b, e := request.ResponseBytes(r)
 		if e != api.OK {
 			t.Error(r, e)
 		}
-		if q, e := OfResponse(b); q != r || e != api.OK {
+		if q, e := request.OfResponse(b); q != r || e != api.OK {
 			t.Error(r, q, e)
 		}
-		if _, e := OfResponse(append(bytes.Clone(b), 0)); e != api.ErrArg {
+		if _, e := request.OfResponse(append(bytes.Clone(b), 0)); e != api.ErrArg {
 			t.Error("some behind")
 		}
-		if _, e := OfResponse(b[:len(b)-1]); e != api.ErrArg {
+		if _, e := request.OfResponse(b[:len(b)-1]); e != api.ErrArg {
 			t.Error("cut")
 		}
 	}
-	if b, _ := ResponseBytes(api.Response{Code: 4, Value: -1}); string(b) != "\x04\xff\xff\xff\xff\x00\x00" {
+	if b, _ := request.ResponseBytes(api.Response{Code: 4, Value: -1}); string(b) != "\x04\xff\xff\xff\xff\x00\x00" {
 		t.Error(b)
 	}
 	for _, r := range []api.Response{{Code: -1}, {Code: 19}, {Value: 1 << 31}, {Value: -1<<31 - 1}, {Bytes: strings.Repeat("x", 65536)}} {
-		if b, e := ResponseBytes(r); b != nil || e != api.ErrArg {
+		if b, e := request.ResponseBytes(r); b != nil || e != api.ErrArg {
 			t.Error(r.Code, e)
 		}
 	}
-	if r, e := OfResponse([]byte("\x13\x00\x00\x00\x00\x00\x00")); r != (api.Response{}) || e != api.ErrArg {
+	if r, e := request.OfResponse([]byte("\x13\x00\x00\x00\x00\x00\x00")); r != (api.Response{}) || e != api.ErrArg {
 		t.Error(r, e)
 	}
 }
 
 func TestNoOthers(t *testing.T) { // P21.4
 	for _, c := range good() {
-		b, _ := Bytes(c)
+		b, _ := request.Bytes(c)
 		for i := range b {
-			if _, e := Of(b[:i]); e != api.ErrArg {
+			if _, e := request.Of(b[:i]); e != api.ErrArg {
 				t.Error("cut", c, i)
 			}
 			for _, x := range []byte{0, 1, 2, 4, 5, 16, 64, 255} {
 				m := bytes.Clone(b)
 				m[i] = x
-				if d, e := Of(m); e == api.OK {
-					if k, _ := Bytes(d); !bytes.Equal(k, m) {
+				if d, e := request.Of(m); e == api.OK {
+					if k, _ := request.Bytes(d); !bytes.Equal(k, m) {
 						t.Error(c, d)
 					}
 				}
 			}
 		}
-		if _, e := Of(append(bytes.Clone(b), 0)); e != api.ErrArg {
+		if _, e := request.Of(append(bytes.Clone(b), 0)); e != api.ErrArg {
 			t.Error("some behind", c)
 		}
 	}

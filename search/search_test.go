@@ -1,4 +1,4 @@
-package search
+package search_test
 
 import (
 	"slices"
@@ -9,6 +9,7 @@ import (
 	"warder/edit"
 	"warder/extent"
 	"warder/nibble"
+	"warder/search"
 	"warder/seen"
 	"warder/vault"
 )
@@ -85,9 +86,9 @@ func user(d string) api.Index { return api.Index{Type: api.TypeUser, Desc: d} }
 
 func ring(d string) api.Index { return api.Index{Type: api.TypeRing, Desc: d} }
 
-func (w *world) find(want api.Index, exact api.Serial, roots ...api.Root) (*Find, *seen.Set) {
+func (w *world) find(want api.Index, exact api.Serial, roots ...api.Root) (*search.Find, *seen.Set) {
 	s := seen.New()
-	return New(w.Vault, 0, roots, want, exact, s), s
+	return search.New(w.Vault, 0, roots, want, exact, s), s
 }
 
 func own(l ...api.Serial) []api.Root {
@@ -98,7 +99,7 @@ func own(l ...api.Serial) []api.Root {
 	return r
 }
 
-func run(t *testing.T, f *Find) (api.Serial, bool, api.Errno, int) {
+func run(t *testing.T, f *search.Find) (api.Serial, bool, api.Errno, int) {
 	t.Helper()
 	for n := 1; n < 10000; n++ {
 		if _, _, e := f.Result(); e != api.ErrState {
@@ -116,7 +117,7 @@ func run(t *testing.T, f *Find) (api.Serial, bool, api.Errno, int) {
 	return 0, false, 0, 0
 }
 
-func is(t *testing.T, f *Find, s api.Serial, p bool, e api.Errno, steps int) {
+func is(t *testing.T, f *search.Find, s api.Serial, p bool, e api.Errno, steps int) {
 	t.Helper()
 	if gs, gp, ge, n := run(t, f); gs != s || gp != p || ge != e || steps > 0 && n != steps {
 		t.Errorf("%d %v %d in %d steps", gs, gp, ge, n)
@@ -154,12 +155,12 @@ func TestFind(t *testing.T) { // P22.1
 	is(t, f, 0, false, api.ErrNone, 0)
 	f, _ = w.find(user(""), 0, own(r)...)
 	is(t, f, 0, false, api.ErrNone, 0)
-	if f := New(nil, 0, own(r), user("a"), 0, nil); !f.Step() {
+	if f := search.New(nil, 0, own(r), user("a"), 0, nil); !f.Step() {
 		t.Error("nil")
 	}
-	f = New(w.Vault, 0, own(r), user("a"), 0, nil)
+	f = search.New(w.Vault, 0, own(r), user("a"), 0, nil)
 	is(t, f, a, true, api.OK, 2)
-	for _, f := range []*Find{nil, {}} {
+	for _, f := range []*search.Find{nil, {}} {
 		if x, p, e := f.Result(); x != 0 || p || e != api.ErrNil || !f.Step() || f.Copy(w.Vault, nil) != nil {
 			t.Error("nil")
 		}
@@ -264,7 +265,7 @@ func TestBelow(t *testing.T) { // P22.2
 	below := func(from, target api.Serial, found bool, levels int, deep bool) (*seen.Set, int) {
 		t.Helper()
 		s := seen.New()
-		b := NewBelow(w.Vault, from, target, s)
+		b := search.NewBelow(w.Vault, from, target, s)
 		n := 1
 		for ; !b.Step() && n < 1000; n++ {
 		}
@@ -301,7 +302,7 @@ func TestBelow(t *testing.T) { // P22.2
 	if !w.Still(s) {
 		t.Error("still")
 	}
-	for _, b := range []*Below{nil, {}, NewBelow(nil, 1, 2, nil)} {
+	for _, b := range []*search.Below{nil, {}, search.NewBelow(nil, 1, 2, nil)} {
 		if f, l, d := b.Result(); f || l != 0 || d || !b.Step() || b.Copy(w.Vault, nil) != nil {
 			t.Error("nil")
 		}
@@ -314,7 +315,7 @@ func TestGoneNode(t *testing.T) { // P22.1, P22.2
 	w.add(r, user("a"))
 	w.add(r, user("b"))
 	f, s := w.find(user("a"), 0, own(r)...)
-	b := NewBelow(w.Vault, r, 99, s)
+	b := search.NewBelow(w.Vault, r, 99, s)
 	f.Step()
 	b.Step()
 	k, _ := w.Key(r)
@@ -335,7 +336,7 @@ func TestCopy(t *testing.T) { // P22.3
 	w.add(r, user("c"))
 	for n := range 5 {
 		f, s := w.find(user("b"), 0, own(r)...)
-		l := NewBelow(w.Vault, r, q, s)
+		l := search.NewBelow(w.Vault, r, q, s)
 		for range n {
 			f.Step()
 			l.Step()

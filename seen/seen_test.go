@@ -1,9 +1,10 @@
-package seen
+package seen_test
 
 import (
 	"testing"
 
 	"warder/api"
+	"warder/seen"
 )
 
 func key(s api.Serial, l api.Life, ver uint64) api.Seen {
@@ -38,16 +39,16 @@ func bad() []api.Seen {
 
 func TestMayNoteBroken(t *testing.T) { // P17.1
 	for s, x := range good() {
-		if !May(x) {
+		if !seen.May(x) {
 			t.Error(s)
 		}
 	}
 	for _, x := range bad() {
-		if May(x) || New().Note(x) != api.ErrArg {
+		if seen.May(x) || seen.New().Note(x) != api.ErrArg {
 			t.Error(x)
 		}
 	}
-	for _, s := range []*Set{New(), {}} {
+	for _, s := range []*seen.Set{seen.New(), {}} {
 		if s.Len() != 0 || s.Broken() {
 			t.Error("at first")
 		}
@@ -66,11 +67,11 @@ func TestMayNoteBroken(t *testing.T) { // P17.1
 			t.Error("what is broken stays so")
 		}
 	}
-	var n *Set
+	var n *seen.Set
 	if n.Note(bad()[0]) != api.ErrNil || n.Broken() {
 		t.Error("nil")
 	}
-	s := New()
+	s := seen.New()
 	for _, x := range []api.Seen{cell(0, -1, 3, 1), cell(1, -1, 4, 1), cell(0, -2, 0, 1), key(1, api.LifeLive, 1), content(1, 9)} {
 		s.Note(x)
 	}
@@ -83,7 +84,7 @@ func TestMayNoteBroken(t *testing.T) { // P17.1
 }
 
 func TestAllOfStill(t *testing.T) { // P17.2
-	s := New()
+	s := seen.New()
 	a, b := content(5, 1), key(5, api.LifeLive, 2)
 	s.Note(a)
 	s.Note(b)
@@ -109,14 +110,14 @@ func TestAllOfStill(t *testing.T) { // P17.2
 	if s.Still(a, b) {
 		t.Error("broken")
 	}
-	var n *Set
-	if _, is := n.Of(a); is || !n.Still() || n.Still(a) || n.Len() != 0 || n.All() != nil || !New().Still() {
+	var n *seen.Set
+	if _, is := n.Of(a); is || !n.Still() || n.Still(a) || n.Len() != 0 || n.All() != nil || !seen.New().Still() {
 		t.Error("nil")
 	}
 }
 
 func TestCopySame(t *testing.T) { // P17.3
-	s := New()
+	s := seen.New()
 	s.Note(content(5, 1))
 	o := s.Copy()
 	if !s.Same(o) {
@@ -131,40 +132,40 @@ func TestCopySame(t *testing.T) { // P17.3
 	if s.Broken() || s.Same(o) || !o.Same(o.Copy()) {
 		t.Error("broken")
 	}
-	a, b := New(), New()
+	a, b := seen.New(), seen.New()
 	a.Note(content(1, 1))
 	a.Note(content(2, 1))
 	b.Note(content(2, 1))
 	b.Note(content(1, 1))
-	var n *Set
-	if a.Same(b) || !n.Same(New()) || !New().Same(n) || !n.Same(nil) || n.Same(a) || a.Same(n) || n.Copy() != nil || !(&Set{}).Same((&Set{}).Copy()) {
+	var n *seen.Set
+	if a.Same(b) || !n.Same(seen.New()) || !seen.New().Same(n) || !n.Same(nil) || n.Same(a) || a.Same(n) || n.Copy() != nil || !(&seen.Set{}).Same((&seen.Set{}).Copy()) {
 		t.Error("same")
 	}
 }
 
 func TestTexts(t *testing.T) { // P17.4
 	for s, x := range good() {
-		if y, e := Text(x); y != s || e != api.OK {
+		if y, e := seen.Text(x); y != s || e != api.OK {
 			t.Error(s, y, e)
 		}
-		if y, e := Read(s); y != x || e != api.OK {
+		if y, e := seen.Read(s); y != x || e != api.OK {
 			t.Error(s, y, e)
 		}
 	}
 	for _, x := range bad() {
-		if s, e := Text(x); s != "" || e != api.ErrArg {
+		if s, e := seen.Text(x); s != "" || e != api.ErrArg {
 			t.Error(x, s)
 		}
 	}
 	for _, s := range []string{"", "key", "key 5", "key 5 live", "key 5 live 0", "key 05 live 2", "key 5 live 02", "key 5 dead 2", "key 5 live 2 ", " key 5 live 2", "key  5 live 2", "key 5 none 2", "key none", "key 0 none", "key 5 2", "key 5 live 2 3", "content 5", "content 5 0", "content 5 live 1", "content 5 none 1", "cell 3 session 4", "cell 8 session none 4", "cell 3 sessions none 4", "cell 3 session none", "cell 3 session none 0", "cell 3 session 0 4", "cell 3 none 5 4", "cell none session none 4", "cell 3 session 5 4 4", "Key 7 none", "none", "key +5 none", "key 5 live 18446744073709551616", "cell -1 user none 1", "content 18446744073709551617 none"} {
-		if x, e := Read(s); x != (api.Seen{}) || e != api.ErrBytes {
+		if x, e := seen.Read(s); x != (api.Seen{}) || e != api.ErrBytes {
 			t.Error(s, x, e)
 		}
 	}
 }
 
 func TestFollows(t *testing.T) { // P17.5
-	s := New()
+	s := seen.New()
 	for _, x := range good() {
 		s.Note(x)
 		if s.Still(s.All()...) == s.Broken() {
@@ -179,8 +180,8 @@ func TestFollows(t *testing.T) { // P17.5
 		for i := range a {
 			for _, c := range "0 159klne" {
 				b := a[:i] + string(c) + a[i+1:]
-				if x, e := Read(b); e == api.OK {
-					if y, _ := Text(x); y != b {
+				if x, e := seen.Read(b); e == api.OK {
+					if y, _ := seen.Text(x); y != b {
 						t.Error(b, y)
 					}
 				}

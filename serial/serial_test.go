@@ -1,10 +1,11 @@
-package serial
+package serial_test
 
 import (
 	"slices"
 	"testing"
 
 	"warder/api"
+	"warder/serial"
 )
 
 func h(i int) api.Handle { return api.Handle{Index: i, Gen: 1} }
@@ -18,19 +19,19 @@ func want(t *testing.T, got, e api.Errno) {
 
 func TestPutGetDrop(t *testing.T) { // P15.1
 	for _, n := range []int{0, -1, 65} {
-		if x, e := New(n); x != nil || e != api.ErrArg {
+		if x, e := serial.New(n); x != nil || e != api.ErrArg {
 			t.Error(n, e)
 		}
 	}
-	if _, e := New(64); e != api.OK {
+	if _, e := serial.New(64); e != api.OK {
 		t.Error(e)
 	}
 	for s, is := range map[api.Serial]bool{0: false, 1: true, -1: false, api.MaxSerial: true, api.MaxSerial + 1: false} {
-		if May(s) != is {
+		if serial.May(s) != is {
 			t.Error(s)
 		}
 	}
-	x, _ := New(2)
+	x, _ := serial.New(2)
 	want(t, x.Put(0, h(1)), api.ErrArg)
 	want(t, x.Put(api.MaxSerial+1, h(1)), api.ErrArg)
 	want(t, x.Put(1, api.Handle{Index: 4}), api.ErrArg)
@@ -49,7 +50,7 @@ func TestPutGetDrop(t *testing.T) { // P15.1
 	want(t, x.Drop(5), api.OK)
 	want(t, x.Drop(5), api.ErrNone)
 	want(t, x.Put(6, h(2)), api.OK)
-	for _, n := range []*Table{nil, {}} {
+	for _, n := range []*serial.Table{nil, {}} {
 		want(t, n.Put(0, h(0)), api.ErrNil)
 		want(t, n.Drop(0), api.ErrNil)
 		_, e := n.Next(0)
@@ -66,7 +67,7 @@ func TestPutGetDrop(t *testing.T) { // P15.1
 }
 
 func TestNextOfLenAll(t *testing.T) { // P15.2
-	x, _ := New(2)
+	x, _ := serial.New(2)
 	next := func(draw uint64, s api.Serial) {
 		t.Helper()
 		was := x.Copy()
@@ -92,7 +93,7 @@ func TestNextOfLenAll(t *testing.T) { // P15.2
 	if s, is := x.Of(api.Handle{}); s != 0 || is {
 		t.Error(s, is)
 	}
-	y, _ := New(9)
+	y, _ := serial.New(9)
 	for _, s := range []api.Serial{50, 3, 8, 1 << 29} {
 		y.Put(s, h(int(s)))
 	}
@@ -120,7 +121,7 @@ func TestNextOfLenAll(t *testing.T) { // P15.2
 }
 
 func TestCopySame(t *testing.T) { // P15.3
-	x, _ := New(3)
+	x, _ := serial.New(3)
 	x.Put(4, h(1))
 	y := x.Copy()
 	if !x.Same(y) {
@@ -130,18 +131,18 @@ func TestCopySame(t *testing.T) { // P15.3
 	if _, is := x.Get(5); is || x.Same(y) {
 		t.Error("not apart")
 	}
-	a, _ := New(3)
+	a, _ := serial.New(3)
 	a.Put(4, h(2))
-	b, _ := New(4)
+	b, _ := serial.New(4)
 	b.Put(4, h(1))
-	var n *Table
-	if x.Same(a) || x.Same(b) || x.Same(n) || n.Same(x) || !n.Same(nil) || !n.Same(&Table{}) || n.Copy() != nil || (&Table{}).Copy() != nil {
+	var n *serial.Table
+	if x.Same(a) || x.Same(b) || x.Same(n) || n.Same(x) || !n.Same(nil) || !n.Same(&serial.Table{}) || n.Copy() != nil || (&serial.Table{}).Copy() != nil {
 		t.Error("same")
 	}
 }
 
 func TestNextCanBePut(t *testing.T) { // P15.4
-	x, _ := New(64)
+	x, _ := serial.New(64)
 	for i := range uint64(64) {
 		s, e := x.Next(i * i * 77777777777 % (1<<30 + 5) / (1 + i%3*1000000))
 		want(t, e, api.OK)

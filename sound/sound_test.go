@@ -1,4 +1,4 @@
-package sound
+package sound_test
 
 import (
 	"slices"
@@ -9,6 +9,7 @@ import (
 	"warder/extent"
 	"warder/node"
 	"warder/request"
+	"warder/sound"
 	"warder/vault"
 )
 
@@ -79,11 +80,11 @@ func rule(r api.Rule, s api.Serial, which int) api.Unsound {
 func broken(t *testing.T, how func(w *world), want ...api.Unsound) {
 	t.Helper()
 	w := build(t)
-	if l := Check(w.Vault, true); len(l) > 0 {
+	if l := sound.Check(w.Vault, true); len(l) > 0 {
 		t.Fatal("at first", l)
 	}
 	how(w)
-	if l := Check(w.Vault, true); !slices.Equal(l, want) {
+	if l := sound.Check(w.Vault, true); !slices.Equal(l, want) {
 		t.Error(l)
 	}
 }
@@ -117,11 +118,11 @@ func TestRules(t *testing.T) { // P29.1
 	w.Rcu().Enter(1)
 	w.Book().Prepare()
 	w.Nodes().Alloc()
-	if l := Check(w.Vault, false); len(l) > 0 {
+	if l := sound.Check(w.Vault, false); len(l) > 0 {
 		t.Error("looked at only where all is calm", l)
 	}
 	for _, v := range []*vault.Vault{nil, {}} {
-		if l := Check(v, true); len(l) > 0 {
+		if l := sound.Check(v, true); len(l) > 0 {
 			t.Error("nil")
 		}
 	}
@@ -169,16 +170,16 @@ func TestTriesAndSlots(t *testing.T) { // P29.1
 func TestNames(t *testing.T) { // P29.1
 	names := []string{"?", "zero", "trie", "payload", "once", "refs", "dead", "account", "loop", "used", "left", "?"}
 	for i, s := range names {
-		if Name(api.Rule(i)) != s {
-			t.Error(i, Name(api.Rule(i)))
+		if sound.Name(api.Rule(i)) != s {
+			t.Error(i, sound.Name(api.Rule(i)))
 		}
 	}
-	if Name(-1) != "?" {
+	if sound.Name(-1) != "?" {
 		t.Error("?")
 	}
 	for s, x := range map[string]api.Unsound{"refs 7": rule(api.RuleRefs, 7, 0), "zero 0": rule(api.RuleZero, 0, 0), "once 2": rule(api.RuleOnce, 0, 2), "trie 5": rule(api.RuleTrie, 5, 3), "? 4": {Which: 4}} {
-		if Text(x) != s {
-			t.Error(Text(x))
+		if sound.Text(x) != s {
+			t.Error(sound.Text(x))
 		}
 	}
 }
@@ -189,26 +190,26 @@ func TestRun(t *testing.T) { // P29.2, P29.3
 	for i := range 30 {
 		s.Acts = append(s.Acts, api.Act{Kind: api.ActKind(i % 5), Task: i % 4})
 	}
-	if at, l, e := Run(s); at != -1 || l != nil || e != api.OK {
+	if at, l, e := sound.Run(s); at != -1 || l != nil || e != api.OK {
 		t.Error(at, l, e)
 	}
 	bad := s
 	bad.Config.Keys = 0
-	if at, l, e := Run(bad); at != 0 || l != nil || e != api.ErrArg {
+	if at, l, e := sound.Run(bad); at != 0 || l != nil || e != api.ErrArg {
 		t.Error(at, l, e)
 	}
 	bad = s
 	bad.Requests = []api.Request{{Task: 2}}
-	if _, _, e := Run(bad); e != api.ErrArg {
+	if _, _, e := sound.Run(bad); e != api.ErrArg {
 		t.Error(e)
 	}
 	bad.Requests = make([]api.Request, api.MaxScript+1)
-	if _, _, e := Run(bad); e != api.ErrLong {
+	if _, _, e := sound.Run(bad); e != api.ErrLong {
 		t.Error(e)
 	}
 	bad = s
 	bad.Acts = make([]api.Act, api.MaxScript+1)
-	if _, _, e := Run(bad); e != api.ErrLong {
+	if _, _, e := sound.Run(bad); e != api.ErrLong {
 		t.Error(e)
 	}
 }

@@ -1,4 +1,4 @@
-package vault
+package vault_test
 
 import (
 	"reflect"
@@ -12,6 +12,7 @@ import (
 	"warder/nibble"
 	"warder/seen"
 	"warder/types"
+	"warder/vault"
 	"warder/walk"
 )
 
@@ -19,9 +20,9 @@ func config() api.Config {
 	return api.Config{Creds: []api.Cred{{UID: 1, GID: 2}, {UID: 3, GID: 4, Proc: 1}}, Keys: 16, Nodes: 100, Extents: 50, Count: 12, Bytes: 400}
 }
 
-func fresh(t *testing.T) *Vault {
+func fresh(t *testing.T) *vault.Vault {
 	t.Helper()
-	v, e := New(config())
+	v, e := vault.New(config())
 	if e != api.OK {
 		t.Fatal(e)
 	}
@@ -30,7 +31,7 @@ func fresh(t *testing.T) *Vault {
 
 func index(k api.KeyType, d string) api.Index { return api.Index{Type: k, Desc: d} }
 
-func payload(t *testing.T, v *Vault, s string) []api.Handle {
+func payload(t *testing.T, v *vault.Vault, s string) []api.Handle {
 	t.Helper()
 	w, e := extent.Write(v.Extents(), []byte(s))
 	for done := false; !done && e == api.OK; {
@@ -55,21 +56,21 @@ func edited(t *testing.T, s *edit.Script, e api.Errno) api.Edit {
 	return x
 }
 
-func in(t *testing.T, v *Vault, ring api.Serial, x api.Index, s api.Serial) api.Edit {
+func in(t *testing.T, v *vault.Vault, ring api.Serial, x api.Index, s api.Serial) api.Edit {
 	t.Helper()
 	r, _ := v.Key(ring)
 	c, e := edit.Insert(v.Nodes(), r.Root, nibble.Of(x), s, v.Name, 0)
 	return edited(t, c, e)
 }
 
-func out(t *testing.T, v *Vault, ring, s api.Serial) api.Edit {
+func out(t *testing.T, v *vault.Vault, ring, s api.Serial) api.Edit {
 	t.Helper()
 	r, _ := v.Key(ring)
 	c, e := edit.Delete(v.Nodes(), r.Root, v.Name(s), v.Name, 0)
 	return edited(t, c, e)
 }
 
-func do(t *testing.T, v *Vault, task int, d api.Deed) int {
+func do(t *testing.T, v *vault.Vault, task int, d api.Deed) int {
 	t.Helper()
 	n, e := v.Do(task, d)
 	if e != api.OK {
@@ -79,7 +80,7 @@ func do(t *testing.T, v *Vault, task int, d api.Deed) int {
 	return n
 }
 
-func prepared(t *testing.T, v *Vault) api.Handle {
+func prepared(t *testing.T, v *vault.Vault) api.Handle {
 	t.Helper()
 	h, e := v.Book().Prepare()
 	if e != api.OK {
@@ -88,21 +89,21 @@ func prepared(t *testing.T, v *Vault) api.Handle {
 	return h
 }
 
-func addDeed(t *testing.T, v *Vault, ring api.Serial, x api.Index, p string, draw uint64) api.Deed {
+func addDeed(t *testing.T, v *vault.Vault, ring api.Serial, x api.Index, p string, draw uint64) api.Deed {
 	return api.Deed{Kind: api.DeedAdd, Ring: ring, Index: x, Record: prepared(t, v), Payload: payload(t, v, p), Size: len(p), A: in(t, v, ring, x, 0), Draw: draw}
 }
 
-func add(t *testing.T, v *Vault, ring api.Serial, x api.Index, p string, draw uint64) api.Serial {
+func add(t *testing.T, v *vault.Vault, ring api.Serial, x api.Index, p string, draw uint64) api.Serial {
 	t.Helper()
 	return api.Serial(do(t, v, 0, addDeed(t, v, ring, x, p, draw)))
 }
 
-func install(t *testing.T, v *Vault, cell api.Serial, draw uint64) api.Serial {
+func install(t *testing.T, v *vault.Vault, cell api.Serial, draw uint64) api.Serial {
 	t.Helper()
 	return api.Serial(do(t, v, 0, api.Deed{Kind: api.DeedInstall, Index: index(api.TypeRing, "_r"), Cell: cell, Record: prepared(t, v), Draw: draw}))
 }
 
-func rec(t *testing.T, v *Vault, s api.Serial) api.Record {
+func rec(t *testing.T, v *vault.Vault, s api.Serial) api.Record {
 	t.Helper()
 	r, is := v.Key(s)
 	if !is {
@@ -111,7 +112,7 @@ func rec(t *testing.T, v *Vault, s api.Serial) api.Record {
 	return r
 }
 
-func gone(t *testing.T, v *Vault, l ...api.Serial) {
+func gone(t *testing.T, v *vault.Vault, l ...api.Serial) {
 	t.Helper()
 	for _, s := range l {
 		if r, is := v.Key(s); is || r != (api.Record{}) {
@@ -120,14 +121,14 @@ func gone(t *testing.T, v *Vault, l ...api.Serial) {
 	}
 }
 
-func account(t *testing.T, v *Vault, uid int, keys, bytes uint64) {
+func account(t *testing.T, v *vault.Vault, uid int, keys, bytes uint64) {
 	t.Helper()
 	if k, b := v.Quota().Of(uid); k != keys || b != bytes {
 		t.Errorf("account of %d: %d %d", uid, k, b)
 	}
 }
 
-func text(v *Vault, s api.Serial) string {
+func text(v *vault.Vault, s api.Serial) string {
 	for _, k := range v.View().Keys {
 		if k.Record.Serial == s {
 			return k.Payload
@@ -137,7 +138,7 @@ func text(v *Vault, s api.Serial) string {
 }
 
 // sound counts anew what all tables say (P20.7).
-func sound(t *testing.T, v *Vault) {
+func sound(t *testing.T, v *vault.Vault) {
 	t.Helper()
 	refs, ins := map[api.Serial]int{}, map[api.Serial]int{}
 	accounts := map[int][2]uint64{}
@@ -197,17 +198,17 @@ func TestNewMayTables(t *testing.T) { // P20.1
 	} {
 		c := config()
 		f(&c)
-		if v, e := New(c); v != nil || e != api.ErrArg || May(c) != api.ErrArg {
+		if v, e := vault.New(c); v != nil || e != api.ErrArg || vault.May(c) != api.ErrArg {
 			t.Error(i, e)
 		}
 	}
 	c := config()
 	c.Keys, c.Nodes, c.Extents, c.Count, c.Bytes = 64, 512, 512, api.MaxLimit, 0
-	if May(c) != api.OK {
+	if vault.May(c) != api.OK {
 		t.Error("may")
 	}
 	c = config()
-	v, _ := New(c)
+	v, _ := vault.New(c)
 	c.Creds[0].UID = 9
 	x := v.Config()
 	if !reflect.DeepEqual(x, config()) || v.Now() != 0 {
@@ -221,7 +222,7 @@ func TestNewMayTables(t *testing.T) { // P20.1
 	if v.Book().Size() != 16 || v.Nodes().Size() != 100 || v.Extents().Size() != 50 || v.Quota().Users() != 16 || k != 12 || b != 400 || v.Creds().Tasks() != 2 || v.Rcu().Enter(1) != api.OK || v.Rcu().Depth(1) != 1 || !v.Locks().Try(1, 3) || !v.Locks().Has(1, 3) {
 		t.Error("tables")
 	}
-	for _, n := range []*Vault{nil, {}} {
+	for _, n := range []*vault.Vault{nil, {}} {
 		_, e := n.Do(9, api.Deed{})
 		if n.Book() != nil || n.Nodes() != nil || n.Extents() != nil || n.Quota() != nil || n.Creds() != nil || n.Rcu() != nil || n.Locks() != nil || n.Now() != 0 || n.Config().Keys != 0 || e != api.ErrNil || n.Undo(api.Deed{}) != api.ErrNil || n.Tick() != nil || n.Collect() || n.Reserve() != 0 || n.View().Keys != nil || n.Copy() != nil || !n.Same(nil) || n.Same(v) || v.Same(n) {
 			t.Error("nil")
@@ -562,10 +563,6 @@ func TestUndoTickCollect(t *testing.T) { // P20.5
 	if !v.Collect() || v.Collect() || v.Book().Room() != 16 {
 		t.Error("collect")
 	}
-	v.now = api.MaxTime
-	if v.Tick() != nil || v.Now() != api.MaxTime {
-		t.Error("the last time")
-	}
 }
 
 func TestReserveViewCopySame(t *testing.T) { // P20.6
@@ -595,10 +592,10 @@ func TestReserveViewCopySame(t *testing.T) { // P20.6
 	if x := w.Keys[1]; !x.Record.Dead || x.Payload != "" {
 		t.Error(x)
 	}
-	for i, f := range []func(v *Vault){
-		func(v *Vault) { v.Tick() }, func(v *Vault) { v.Collect() }, func(v *Vault) { v.Nodes().Alloc() }, func(v *Vault) { v.Extents().Alloc() }, func(v *Vault) { v.Book().Prepare() },
-		func(v *Vault) { v.Quota().Charge(0, 0, 1) }, func(v *Vault) { v.Creds().Put(0, api.SpecUser, 0) }, func(v *Vault) { v.Rcu().Enter(0) }, func(v *Vault) { v.Locks().Try(0, 0) }, func(v *Vault) { v.timers.Put(9, 9) },
-		func(v *Vault) { v.config.Bytes++ }, func(v *Vault) { v.config.Creds[1].GID++ }, func(v *Vault) { do(t, v, 0, api.Deed{Kind: api.DeedInvalidate, Key: k}) },
+	for i, f := range []func(v *vault.Vault){
+		func(v *vault.Vault) { v.Tick() }, func(v *vault.Vault) { v.Collect() }, func(v *vault.Vault) { v.Nodes().Alloc() }, func(v *vault.Vault) { v.Extents().Alloc() }, func(v *vault.Vault) { v.Book().Prepare() },
+		func(v *vault.Vault) { v.Quota().Charge(0, 0, 1) }, func(v *vault.Vault) { v.Creds().Put(0, api.SpecUser, 0) }, func(v *vault.Vault) { v.Rcu().Enter(0) }, func(v *vault.Vault) { v.Locks().Try(0, 0) },
+		func(v *vault.Vault) { do(t, v, 0, api.Deed{Kind: api.DeedInvalidate, Key: k}) },
 	} {
 		was, o := v.Copy(), v.Copy()
 		if !v.Same(o) || !o.Same(v) {
@@ -606,6 +603,15 @@ func TestReserveViewCopySame(t *testing.T) { // P20.6
 		}
 		if f(o); v.Same(o) || !v.Same(was) {
 			t.Error(i)
+		}
+	}
+	for i, f := range []func(c *api.Config){func(c *api.Config) { c.Bytes++ }, func(c *api.Config) { c.Creds[1].GID++ }, func(c *api.Config) { c.Nodes++ }} {
+		c := config()
+		f(&c)
+		a, _ := vault.New(c)
+		b, _ := vault.New(config())
+		if a.Same(b) || !a.Same(a.Copy()) {
+			t.Error("configuration", i)
 		}
 	}
 }

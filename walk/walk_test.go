@@ -1,4 +1,4 @@
-package walk
+package walk_test
 
 import (
 	"bytes"
@@ -9,6 +9,7 @@ import (
 	"warder/api"
 	"warder/arena"
 	"warder/node"
+	"warder/walk"
 )
 
 func nodes(size int) *arena.Arena[api.Node] {
@@ -54,7 +55,7 @@ func example() (*arena.Arena[api.Node], api.Link) {
 func TestWalk(t *testing.T) { // P10.1
 	a, root := example()
 	key := []byte{0, 5}
-	w := New(a, root, key)
+	w := walk.New(a, root, key)
 	key[1] = 3
 	if w.Leaf() != (api.Link{}) || len(w.Path()) != 0 {
 		t.Error("no step was done")
@@ -67,7 +68,7 @@ func TestWalk(t *testing.T) { // P10.1
 		t.Error("stays so")
 	}
 	for _, r := range []api.Link{{}, node.Key(4)} {
-		w := New(a, r, nil)
+		w := walk.New(a, r, nil)
 		if w.Leaf() != (api.Link{}) {
 			t.Error("one step at least")
 		}
@@ -77,7 +78,7 @@ func TestWalk(t *testing.T) { // P10.1
 	}
 	up, _ := node.Part(0, 2, root, 4, node.Key(1))
 	two := node.To(put(a, up))
-	w = New(a, two, []byte{2, 3})
+	w = walk.New(a, two, []byte{2, 3})
 	if done, e := w.Step(); done || e != api.OK || w.Leaf() != (api.Link{}) || len(w.Path()) != 1 {
 		t.Error("not done", e)
 	}
@@ -90,7 +91,7 @@ func TestErrors(t *testing.T) { // P10.1, P10.2
 	a, root := example()
 	up, _ := node.Part(1, 2, root, 4, node.Key(1))
 	flat := node.To(put(a, up))
-	w, i := New(a, flat, []byte{0, 2}), Each(a, flat)
+	w, i := walk.New(a, flat, []byte{0, 2}), walk.Each(a, flat)
 	w.Step()
 	i.Step()
 	for range 2 {
@@ -101,8 +102,8 @@ func TestErrors(t *testing.T) { // P10.1, P10.2
 			t.Error(l, done, e)
 		}
 	}
-	gone := New(a, root, []byte{0, 3})
-	all := Each(a, root)
+	gone := walk.New(a, root, []byte{0, 3})
+	all := walk.Each(a, root)
 	n, _ := a.Get(root.Node)
 	a.Free(root.Node)
 	if _, e := gone.Step(); e != api.ErrStale {
@@ -118,34 +119,34 @@ func TestErrors(t *testing.T) { // P10.1, P10.2
 	if _, e := gone.Step(); e != api.ErrStale || len(gone.Path()) != 0 {
 		t.Error("told once, told later", e)
 	}
-	if _, _, e := Find(a, root, nil); e != api.ErrStale {
+	if _, _, e := walk.Find(a, root, nil); e != api.ErrStale {
 		t.Error(e)
 	}
-	if l, p, e := All(a, flat); e != api.ErrStale || l != nil || p != nil {
+	if l, p, e := walk.All(a, flat); e != api.ErrStale || l != nil || p != nil {
 		t.Error(l, p, e)
 	}
 	for _, b := range []*arena.Arena[api.Node]{nil, {}} {
 		for _, r := range []api.Link{{}, node.Key(1), root} {
-			if _, e := New(b, r, nil).Step(); e != api.ErrNil {
+			if _, e := walk.New(b, r, nil).Step(); e != api.ErrNil {
 				t.Error(e)
 			}
-			if _, _, e := Each(b, r).Step(); e != api.ErrNil {
+			if _, _, e := walk.Each(b, r).Step(); e != api.ErrNil {
 				t.Error(e)
 			}
-			if l, p, e := Find(b, r, nil); e != api.ErrNil || l != (api.Link{}) || p != nil {
+			if l, p, e := walk.Find(b, r, nil); e != api.ErrNil || l != (api.Link{}) || p != nil {
 				t.Error(e)
 			}
-			if _, _, e := All(b, r); e != api.ErrNil {
+			if _, _, e := walk.All(b, r); e != api.ErrNil {
 				t.Error(e)
 			}
 		}
 	}
-	for _, w := range []*Walk{nil, {}} {
+	for _, w := range []*walk.Walk{nil, {}} {
 		if done, e := w.Step(); done || e != api.ErrNil || w.Leaf() != (api.Link{}) || w.Path() != nil || w.Copy(a) != nil {
 			t.Error(e)
 		}
 	}
-	for _, i := range []*Iter{nil, {}} {
+	for _, i := range []*walk.Iter{nil, {}} {
 		if l, done, e := i.Step(); l != nil || done || e != api.ErrNil || i.Copy(a) != nil {
 			t.Error(e)
 		}
@@ -158,7 +159,7 @@ func TestEach(t *testing.T) { // P10.2
 	high, _ := node.Part(3, 4, node.Key(5), 5, node.Key(6))
 	root, _ := node.Part(0, 0, node.Key(1), 3, node.To(put(a, low)))
 	root = node.With(node.With(root, 5, node.Key(4)), 7, node.To(put(a, high)))
-	i := Each(a, node.To(put(a, root)))
+	i := walk.Each(a, node.To(put(a, root)))
 	for _, want := range [][]api.Serial{{1}, {2, 3, 4}, {5, 6}} {
 		l, done, e := i.Step()
 		if e != api.OK || !slices.Equal(l, want) || done != (want[0] == 5) {
@@ -169,7 +170,7 @@ func TestEach(t *testing.T) { // P10.2
 		t.Error(l, done, e)
 	}
 	for r, want := range map[api.Link]int{{}: 0, node.Key(8): 1} {
-		i := Each(a, r)
+		i := walk.Each(a, r)
 		if l, done, e := i.Step(); len(l) != want || !done || e != api.OK {
 			t.Error(l, done, e)
 		}
@@ -182,15 +183,15 @@ func TestFindAll(t *testing.T) { // P10.3
 		key  []byte
 		leaf api.Link
 	}{{[]byte{0, 5}, node.Key(9)}, {[]byte{0, 4}, api.Link{}}, {[]byte{8, 5}, node.Key(9)}, {[]byte{0}, api.Link{}}, {[]byte{0, 16}, api.Link{}}} {
-		l, p, e := Find(a, root, x.key)
+		l, p, e := walk.Find(a, root, x.key)
 		if l != x.leaf || e != api.OK || !slices.Equal(p, []api.Handle{root.Node}) {
 			t.Error(x, l, p, e)
 		}
 	}
-	if l, p, e := All(a, root); !slices.Equal(l, []api.Serial{7, 9}) || !slices.Equal(p, []api.Handle{root.Node}) || e != api.OK {
+	if l, p, e := walk.All(a, root); !slices.Equal(l, []api.Serial{7, 9}) || !slices.Equal(p, []api.Handle{root.Node}) || e != api.OK {
 		t.Error(l, p, e)
 	}
-	if l, p, e := All(a, api.Link{}); len(l)+len(p) != 0 || e != api.OK {
+	if l, p, e := walk.All(a, api.Link{}); len(l)+len(p) != 0 || e != api.OK {
 		t.Error(l, p, e)
 	}
 }
@@ -199,7 +200,7 @@ func TestCopy(t *testing.T) { // P10.4
 	a, root := example()
 	up, _ := node.Part(0, 2, root, 4, node.Key(1))
 	two := node.To(put(a, up))
-	w, i := New(a, two, []byte{2, 3}), Each(a, two)
+	w, i := walk.New(a, two, []byte{2, 3}), walk.Each(a, two)
 	w.Step()
 	i.Step()
 	b := a.Copy()
@@ -220,7 +221,7 @@ func TestCopy(t *testing.T) { // P10.4
 	if _, e := w.Copy(b).Step(); e != api.ErrStale {
 		t.Error("what was told is told", e)
 	}
-	c := New(a, node.Key(3), nil)
+	c := walk.New(a, node.Key(3), nil)
 	c.Step()
 	if c.Copy(a).Leaf() != node.Key(3) {
 		t.Error("done")
@@ -239,11 +240,11 @@ func TestWholeTries(t *testing.T) { // P10.5
 		keys = slices.CompactFunc(keys, bytes.Equal)
 		a := nodes(200)
 		root, many := trie(a, keys, 1, 0)
-		told, read, e := All(a, root)
+		told, read, e := walk.All(a, root)
 		var want []api.Serial
 		for i, k := range keys {
 			want = append(want, api.Serial(i+1))
-			l, p, e := Find(a, root, k)
+			l, p, e := walk.Find(a, root, k)
 			if l != node.Key(api.Serial(i+1)) || e != api.OK || len(p) > api.MaxNibbles {
 				t.Fatal(k, l, e)
 			}
@@ -252,7 +253,7 @@ func TestWholeTries(t *testing.T) { // P10.5
 			t.Fatal(told, read, e)
 		}
 		steps, n := 0, 0
-		for i := Each(a, root); ; {
+		for i := walk.Each(a, root); ; {
 			l, done, _ := i.Step()
 			steps++
 			if n += len(l); done {
