@@ -255,3 +255,45 @@ func TestReadersRead(t *testing.T) { // P12.5
 		}
 	}
 }
+
+func TestNothingBesideErrors(t *testing.T) { // P12.1
+	x, _, _ := table(t, 9)
+	x.Put(user("a"), 1)
+	for _, c := range []struct {
+		x *assoc.Table
+		d string
+		s api.Serial
+		e api.Errno
+	}{{nil, "a", 1, api.ErrNil}, {x, "", 1, api.ErrArg}, {x, "b", 1, api.ErrExists}, {x, "b", api.MaxSerial + 1, api.ErrArg}, {x, "b", api.MaxSerial, api.OK}} {
+		if s, e := c.x.Put(user(c.d), c.s); s != 0 || e != c.e {
+			t.Error(c, s, e)
+		}
+	}
+	for _, c := range []struct {
+		x *assoc.Table
+		d string
+		e api.Errno
+	}{{nil, "a", api.ErrNil}, {x, "", api.ErrArg}, {x, "c", api.ErrNone}} {
+		if s, e := c.x.Drop(user(c.d)); s != 0 || e != c.e {
+			t.Error(c, s, e)
+		}
+	}
+	x.Clear()
+	if _, is := x.Index(1); is {
+		t.Error("stands nowhere any more")
+	}
+	if s, e := x.Put(user("z"), 1); s != 0 || e != api.OK {
+		t.Error(s, e)
+	}
+	var l []api.Index
+	for _, d := range []string{"a", "b", "c", "d", "e", "f", "g", "h"} {
+		l = append(l, user(d))
+	}
+	y, _, _ := table(t, 99)
+	for i, d := range []int{3, 1, 4, 6, 0, 7, 2, 5} {
+		y.Put(l[d], api.Serial(i+1))
+	}
+	if y.Nodes() != assoc.Count(l[3], l[1], l[4], l[6], l[0], l[7], l[2], l[5]) {
+		t.Error(y.Nodes())
+	}
+}

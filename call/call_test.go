@@ -558,3 +558,74 @@ func TestMoveLocks(t *testing.T) { // P23.1
 		t.Error(x.Response())
 	}
 }
+
+func TestNoted(t *testing.T) { // P23.2: what each phase looks at is noted
+	w := build(t)
+	s := w.must(0, get(session))
+	a := w.must(0, add(session, user("a"), "a"))
+	b := w.must(0, add(session, user("b"), "b"))
+	w.code(0, on(api.OpInvalidate, b), api.OK)
+	notes := func(c api.Call, want ...api.Seen) {
+		t.Helper()
+		x := w.begin(0, c)
+		w.steps(x)
+		l := x.Noted()
+		for i := range l {
+			l[i].Ver = 0
+		}
+		slices.SortFunc(want[2:], func(x, y api.Seen) int {
+			return slices.IndexFunc(l, func(z api.Seen) bool { return z == x }) - slices.IndexFunc(l, func(z api.Seen) bool { return z == y })
+		})
+		if !slices.Equal(l, want) {
+			t.Error(l)
+		}
+	}
+	cell := api.Seen{Kind: api.SeenCell, Serial: session, Is: true, Holds: s}
+	key := func(s api.Serial) api.Seen {
+		return api.Seen{Kind: api.SeenKey, Serial: s, Is: true, Life: api.LifeLive}
+	}
+	content := api.Seen{Kind: api.SeenContent, Serial: s, Is: true}
+	dead := api.Seen{Kind: api.SeenKey, Serial: b}
+	notes(read(session), cell, key(s), content, key(a), dead)
+	notes(add(session, user("c"), "c"), cell, key(s), content)
+	notes(add(session, user("a"), "c"), cell, key(s), content, key(a))
+	notes(add(session, user("b"), "b"), cell, key(s), content, dead)
+	notes(on(api.OpDescribe, session), cell, key(s))
+	notes(api.Call{Op: api.OpGet, Key: session}, cell, key(s))
+	notes(api.Call{Op: api.OpJoin, Index: ring("j")}, cell, key(s))
+}
+
+func TestNamesOfCells(t *testing.T) { // P23.1
+	w := build(t)
+	for spec, d := range map[api.Serial]string{api.SpecThread: "_tid", api.SpecProcess: "_pid", session: "_ses", api.SpecUser: "_uid"} {
+		w.must(0, get(spec))
+		if r := w.do(0, on(api.OpDescribe, spec)); r.Bytes != "keyring;1;1;3f030000;"+d {
+			t.Error(r)
+		}
+	}
+}
+
+func TestFailsAmongNodes(t *testing.T) { // P23.1: what was made ahead of that is given back
+	w := build(t)
+	s := w.must(0, get(session))
+	w.code(0, mask(s, 0x3f3f3f3f), api.OK)
+	var x *call.Call
+	for i := 0; x == nil; i++ {
+		c := w.begin(1, add(s, user("k"+strconv.Itoa(i)), "k"))
+		for !c.Done() && x == nil {
+			if p, _ := c.Step(); p.Phase == api.PhaseNodes && c.Phase() == api.PhaseNodes {
+				x = c
+			}
+		}
+	}
+	nodes := w.Nodes().Len()
+	w.code(0, on(api.OpRevoke, s), api.OK)
+	if p, _ := x.Step(); !p.Failed || w.Nodes().Len() != nodes-1 {
+		t.Error(p, w.Nodes().Len(), nodes)
+	}
+	for w.Collect() {
+	}
+	if w.Nodes().Len() != 0 || w.Extents().Len() != 0 || w.Book().Room() != 29 {
+		t.Error(w.Nodes().Len(), w.Extents().Len(), w.Book().Room())
+	}
+}

@@ -164,3 +164,14 @@ func TestWhoSees(t *testing.T) { // P6.5
 		}
 	}
 }
+
+func TestEdges(t *testing.T) { // P6.1, P6.3
+	c, e := cred.New([]api.Cred{{UID: 15}})
+	if e != api.OK || c.Tasks() != 1 {
+		t.Error(e)
+	}
+	c.Put(0, api.SpecUser, 1)
+	if c.Holds(1) != 1 || c.Drop(1) != 1 {
+		t.Error("the least serial")
+	}
+}

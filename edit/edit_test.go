@@ -433,3 +433,46 @@ func sameUse(a, b *arena.Arena[api.Node]) bool {
 	}
 	return slices.Equal(l, m)
 }
+
+func TestFarBelow(t *testing.T) { // P11.1: where nobody stands on the way, those below tell where the key parts
+	n := names{1: "111", 2: "112", 3: "211", 4: "212", 5: "311", 6: "121", 7: "1"}
+	a := nodes(20)
+	root := node.Key(1)
+	for s := api.Serial(2); s <= 4; s++ {
+		root = insert(t, n, a, root, n.of(s), s).Root
+	}
+	far := insert(t, n, a, root, n.of(5), 5)
+	sizes(t, far, 1, 1)
+	if shape(a, far.Root) != "(0 1:(2 1:1 2:2) 2:(2 1:3 2:4) 3:5)" || far.Nibble != 3 {
+		t.Error(shape(a, far.Root))
+	}
+	near := insert(t, n, a, root, n.of(6), 6)
+	sizes(t, near, 2, 1)
+	if shape(a, near.Root) != "(0 1:(1 1:(2 1:1 2:2) 2:6) 2:(2 1:3 2:4))" {
+		t.Error(shape(a, near.Root))
+	}
+	top, _ := a.Get(root.Node)
+	a.Free(node.Kid(top, 1).Node)
+	if _, e := edit.Insert(a, root, n.of(5), 5, n.of, 0); e != api.ErrStale {
+		t.Error(e)
+	}
+	one := insert(t, n, a, api.Link{}, n.of(7), 7)
+	if one.Root != node.Key(7) {
+		t.Error("a key of one nibble")
+	}
+}
+
+func TestNothingBesideErrors(t *testing.T) { // P11.2
+	n := names{1: "12", 2: "13"}
+	a := nodes(4)
+	s, _ := edit.Insert(a, node.Key(1), nib("13"), 2, n.of, 0)
+	s.Undo()
+	if done, e := s.Step(); done || e != api.ErrState {
+		t.Error(done, e)
+	}
+	for _, s := range []*edit.Script{nil, {}} {
+		if done, e := s.Step(); done || e != api.ErrNil {
+			t.Error(done, e)
+		}
+	}
+}

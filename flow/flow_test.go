@@ -209,3 +209,46 @@ func TestNobodyLearns(t *testing.T) { // P28.4
 		}
 	}
 }
+
+func TestReadersByTheModel(t *testing.T) { // P28.2
+	readers := func(s api.Script, want []int, at ...int) {
+		t.Helper()
+		if l, e := flow.Readers(s, at...); e != api.OK || !slices.Equal(l, want) {
+			t.Error(l, e)
+		}
+	}
+	dead := api.Call{Op: api.OpInvalidate, Key: 2}
+	s := script(t, ask{0, get()}, ask{0, add("a", "x")}, ask{0, dead}, ask{0, add("b", "x")}, ask{0, mask(3, 0x3f3f3f3f)})
+	s.Requests[3].Draw = 1
+	readers(s, []int{1, 2}, 3)
+	again := script(t, ask{0, get()}, ask{0, dead}, ask{0, api.Call{Op: api.OpJoin, Index: api.Index{Type: api.TypeRing, Desc: "j"}}}, ask{0, add("b", "x")}, ask{0, mask(9, 0x3f3f3f3f)})
+	again.Requests[2].Draw, again.Requests[3].Draw = 0, 8
+	readers(again, []int{1, 2}, 3)
+	late := script(t, ask{0, get()}, ask{0, add("a", "x")}, ask{0, api.Call{Op: api.OpTimeout, Key: 2, Time: 1}}, ask{0, mask(2, 0x3f3f3f3f)})
+	steps := late.Acts
+	late.Acts = append(slices.Clone(steps[:5+9+9]), api.Act{Kind: api.ActTick})
+	late.Acts = append(late.Acts, steps...)
+	readers(late, nil, 1)
+	full := script(t, ask{0, get()}, ask{0, add("a", "x")}, ask{0, mask(2, 0x3f3f3f3f)})
+	full.Config.Extents = 1
+	full.Requests = append(full.Requests, script(t, ask{0, api.Call{Op: api.OpUpdate, Key: 2, Payload: "y"}}).Requests...)
+	readers(full, nil, 3)
+	readers(full, []int{1, 2}, 1)
+	full.Requests = append(full.Requests, api.Request{Bytes: "?"})
+	readers(full, nil, 4)
+}
+
+func TestTwinsBytes(t *testing.T) { // P28.1
+	a, b := script(t, ask{0, add("a", "x")}), script(t, ask{0, add("a", "y")})
+	b.Requests[0].Bytes = "?"
+	if flow.Twins(a, b, 1) || flow.Twins(b, a, 1) {
+		t.Error("a call in both")
+	}
+	for task, is := range map[int]bool{0: true, 1: false, 3: true, 4: false, -1: false} {
+		c, d := script(t, ask{0, add("a", "x")}), script(t, ask{0, add("a", "y")})
+		c.Requests[0].Task, d.Requests[0].Task = task, task
+		if flow.Twins(c, d, 1) != is {
+			t.Error(task)
+		}
+	}
+}

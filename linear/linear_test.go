@@ -186,3 +186,21 @@ func TestMachines(t *testing.T) { // P27.4
 		}
 	}
 }
+
+func TestSerialsAsAnswered(t *testing.T) { // P27.2: a new key may have any serial that no key has that is there
+	add := api.Call{Op: api.OpAdd, Ring: api.SpecSession, Index: api.Index{Type: api.TypeUser, Desc: "a"}, Payload: "x"}
+	l := []api.Request{asks(t, 0, 3, get()), asks(t, 0, 0, add), asks(t, 0, 5, api.Call{Op: api.OpJoin, Index: api.Index{Type: api.TypeRing, Desc: "j"}}), asks(t, 0, 0, api.Call{Op: api.OpRead, Key: 7})}
+	story := func(s, k, j int) []api.Done {
+		var h []api.Done
+		for i, n := range []int{s, k, j} {
+			h = append(h, done(i, 0, 2*i, 2*i+1, 0, api.Response{Value: n}))
+		}
+		return append(h, done(3, 0, 6, 7, 0, api.Response{Code: api.ErrNone}))
+	}
+	explains(t, l, story(9, 77, 1<<30), []int{0, 1, 2, 3}, -1)
+	explains(t, l, story(9, 77, 10), []int{0, 1, 2, 3}, -1)
+	explains(t, l, story(9, 9, 10), []int{0, 1, 2, 3}, 1)
+	explains(t, l, story(9, 77, 77), []int{0, 1, 2, 3}, 2)
+	explains(t, l, story(9, 77, 0), []int{0, 1, 2, 3}, 2)
+	explains(t, l, story(9, 77, 7), []int{0, 1, 2, 3}, 3)
+}

@@ -197,3 +197,10 @@ func TestNobodyPasses(t *testing.T) { // P8.5
 		}
 	}
 }
+
+func TestOneTask(t *testing.T) { // P8.1
+	l, e := lock.New(1)
+	if e != api.OK || !l.Try(0, 0) || !l.Release(0, 0) {
+		t.Error(e)
+	}
+}

@@ -214,3 +214,10 @@ func TestSameEvents(t *testing.T) { // P25.4
 		t.Error("each is answered once")
 	}
 }
+
+func TestLongScripts(t *testing.T) { // P25.3
+	s := api.Script{Config: config(), Requests: make([]api.Request, api.MaxScript), Acts: make([]api.Act, api.MaxScript)}
+	if m, e := machine.Run(s); e != api.OK || m.Acts() != 0 || m.Left(0) != api.MaxScript {
+		t.Error(e)
+	}
+}

@@ -459,3 +459,154 @@ func TestReadsLast(t *testing.T) { // P26.4
 		t.Error(serial, last)
 	}
 }
+
+func TestCellsAndRings(t *testing.T) { // P26.1
+	w := build(t)
+	for spec, d := range map[api.Serial]string{api.SpecThread: "_tid", api.SpecProcess: "_pid", session: "_ses", api.SpecUser: "_uid"} {
+		s := w.must(0, get(spec))
+		w.draw = 90
+		if w.must(0, get(spec)) != s || w.must(0, api.Call{Op: api.OpGet, Key: spec}) != s {
+			t.Error("the cell has one")
+		}
+		if r := w.do(0, on(api.OpDescribe, spec)); r.Bytes != "keyring;1;1;3f030000;"+d {
+			t.Error(r)
+		}
+		w.draw = uint64(-spec) * 7
+	}
+	w.draw = 0x01020303
+	k := w.must(0, add(session, user("k"), "k"))
+	if r := w.do(0, read(session)); r != (api.Response{Value: 1, Bytes: "\x04\x03\x02\x01"}) || k != 0x01020304 {
+		t.Error(r)
+	}
+	w.draw = 0x01020303
+	if l := w.must(0, add(session, user("l"), "l")); l != k+1 || w.do(0, read(session)).Value != 2 {
+		t.Error("the first that no key has", l)
+	}
+	if n := w.must(0, read(api.SpecThread)); n != 0 {
+		t.Error("of no links", n)
+	}
+}
+
+func TestWho(t *testing.T) { // P26.1
+	w := build(t, func(c *api.Config) { c.Count, c.Bytes = 3, 100 })
+	s := w.must(0, get(session))
+	k := w.must(0, add(session, user("k"), "kk"))
+	w.code(0, mask(k, 0x33003f00), api.OK)
+	w.code(0, add(session, user("k"), "x"), api.ErrAccess)
+	w.code(0, on(api.OpInvalidate, k), api.ErrAccess)
+	w.code(0, on(api.OpRevoke, k), api.OK)
+	if a := w.View().Accounts[1]; a != (api.Account{Keys: 2, Bytes: 23}) {
+		t.Error(a)
+	}
+	w.code(0, on(api.OpRevoke, s), api.OK)
+	if a := w.View().Accounts[1]; a != (api.Account{Keys: 1, Bytes: 21}) {
+		t.Error("a keyring that is revoked has its charge", a)
+	}
+	w = build(t, func(c *api.Config) { c.Count, c.Bytes = 2, 100 })
+	w.must(0, get(session))
+	k = w.must(0, add(session, user("k"), strings.Repeat("k", 60)))
+	w.code(0, mask(k, 0x3f3f3f3f), api.OK)
+	give := func(uid int, e api.Errno) {
+		t.Helper()
+		w.code(3, api.Call{Op: api.OpChown, Key: k, UID: uid}, e)
+	}
+	give(1, api.OK)
+	w.must(1, get(session))
+	w.must(1, add(session, user("x"), "x"))
+	give(2, api.ErrQuota)
+	w.code(1, api.Call{Op: api.OpClear, Ring: session}, api.OK)
+	w.must(1, add(session, user("x"), strings.Repeat("x", 20)))
+	w.code(1, api.Call{Op: api.OpClear, Ring: session}, api.OK)
+	give(2, api.OK)
+	give(1, api.OK)
+	if a := w.View().Accounts; a[1] != (api.Account{Keys: 2, Bytes: 83}) || a[2] != (api.Account{Keys: 1, Bytes: 21}) {
+		t.Error(a)
+	}
+	w = build(t, func(c *api.Config) { c.Count, c.Bytes = 9, 70 })
+	w.must(0, get(session))
+	k = w.must(0, add(session, user("k"), strings.Repeat("k", 40)))
+	w.code(0, mask(k, 0x3f3f3f3f), api.OK)
+	w.must(1, get(session))
+	w.must(1, add(session, user("x"), strings.Repeat("x", 9)))
+	give(2, api.ErrQuota)
+	give(1, api.OK)
+}
+
+func TestDying(t *testing.T) { // P26.1
+	build3 := func() (*world, api.Serial, api.Serial, api.Serial) {
+		w := build(t)
+		w.must(0, get(session))
+		q := w.must(0, add(session, ring("q"), ""))
+		p := w.must(0, add(q, ring("p"), ""))
+		return w, q, p, w.must(0, add(p, user("k"), "k"))
+	}
+	for i, c := range []func(w *world, q, p, k api.Serial){
+		func(w *world, q, p, k api.Serial) { w.code(0, unlink(q, session), api.OK) },
+		func(w *world, q, p, k api.Serial) { w.code(0, api.Call{Op: api.OpClear, Ring: session}, api.OK) },
+		func(w *world, q, p, k api.Serial) { w.must(0, api.Call{Op: api.OpJoin, Index: ring("j")}) },
+		func(w *world, q, p, k api.Serial) { w.code(0, on(api.OpInvalidate, q), api.OK) },
+		func(w *world, q, p, k api.Serial) { w.must(0, add(session, ring("q"), "")) },
+		func(w *world, q, p, k api.Serial) {
+			w.code(0, timeout(q, 1), api.OK)
+			for range 6 {
+				w.Tick()
+			}
+		},
+		func(w *world, q, p, k api.Serial) {
+			w.must(0, get(api.SpecThread))
+			o := w.must(0, add(api.SpecThread, ring("q"), ""))
+			w.code(0, link(o, session), api.OK)
+		},
+	} {
+		w, q, p, k := build3()
+		c(w, q, p, k)
+		for _, v := range w.View().Keys {
+			if s := v.Record.Serial; s == q || s == p || s == k {
+				t.Error(i, "is there", s)
+			}
+		}
+	}
+	w, q, p, k := build3()
+	w.code(0, link(k, session), api.OK)
+	w.code(0, on(api.OpRevoke, p), api.OK)
+	w.code(0, move(p, q, session), api.ErrRevoked)
+	w.code(0, move(k, session, q), api.OK)
+	if r := w.do(0, read(session)); r.Value != 1 || w.do(0, read(q)).Value != 2 {
+		t.Error("moved", r)
+	}
+	w.code(0, unlink(k, session), api.ErrNone)
+	w.code(0, timeout(k, 1<<39), api.OK)
+	w.code(0, timeout(k, 0), api.OK)
+	if v := w.View(); len(v.Keys) != 4 || v.Keys[3].Record.Expiry != 0 {
+		t.Error(v)
+	}
+}
+
+func TestTooDeep(t *testing.T) { // P26.1: what is deeper than MaxDepth is not gone through, and each keyring is once
+	w := build(t)
+	at := w.must(0, get(session))
+	for i := 2; i <= 8; i++ {
+		w.code(0, mask(at, 0x3f3f0000), api.OK)
+		w.must(0, add(at, user("k"+strconv.Itoa(i-1)), "k"))
+		at = w.must(0, add(at, ring("r"+strconv.Itoa(i)), ""))
+	}
+	for i := 1; i <= 7; i++ {
+		e := api.OK
+		if i > api.MaxDepth {
+			e = api.ErrNone
+		}
+		if r := w.do(0, api.Call{Op: api.OpRequest, Index: user("k" + strconv.Itoa(i))}); r.Code != e {
+			t.Error(i, r)
+		}
+	}
+	w = build(t)
+	s := w.must(0, get(session))
+	q := w.must(0, add(session, ring("q"), ""))
+	w.must(0, add(q, user("k"), "k"))
+	find := api.Call{Op: api.OpSearch, Ring: s, Index: user("k")}
+	w.must(0, find)
+	w.code(0, timeout(q, 1), api.OK)
+	w.Tick()
+	w.code(0, find, api.ErrNone)
+	w.code(0, read(q), api.ErrExpired)
+}

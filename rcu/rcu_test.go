@@ -196,3 +196,14 @@ func TestInOrder(t *testing.T) { // P7.4
 		}
 	}
 }
+
+func TestOneTask(t *testing.T) { // P7.1, P7.2
+	r, e := rcu.New(1)
+	x := api.Retired{Records: []api.Handle{{Gen: 1}}, Nodes: []api.Handle{{Gen: 1}, {Gen: 2}}, Extents: []api.Handle{{Gen: 1}}}
+	if e != api.OK || r.Retire(x) != api.OK || r.Len() != 1 {
+		t.Error(e)
+	}
+	if y, is := r.Next(); !is || !reflect.DeepEqual(x, y) {
+		t.Error(y, is)
+	}
+}

@@ -479,3 +479,24 @@ func outright(w *world, want api.Index, root api.Serial) (api.Serial, bool, api.
 	}
 	return 0, false, api.ErrNone
 }
+
+func TestSeveralLevels(t *testing.T) { // P22.2: a keyring stands once in each level, but may in several
+	w := build(t)
+	r := w.top(api.SpecThread)
+	a, b := w.add(r, ring("a")), w.add(r, ring("b"))
+	at := b
+	for _, d := range []string{"c", "d", "e"} {
+		at = w.add(at, ring(d))
+	}
+	w.link(a, b)
+	s := seen.New()
+	x := search.NewBelow(w.Vault, r, 99, s)
+	for !x.Step() {
+	}
+	if found, levels, deep := x.Result(); found || levels != 6 || deep {
+		t.Error(found, levels, deep)
+	}
+	if n := s.Len(); n != 12 {
+		t.Error("each noted once", n)
+	}
+}

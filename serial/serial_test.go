@@ -152,3 +152,15 @@ func TestNextCanBePut(t *testing.T) { // P15.4
 	want(t, e, api.OK)
 	want(t, x.Put(s, h(1)), api.ErrFull)
 }
+
+func TestEdges(t *testing.T) { // P15.1, P15.2
+	x, e := serial.New(1)
+	want(t, e, api.OK)
+	want(t, x.Put(api.MaxSerial-1, h(1)), api.OK)
+	if s, e := x.Next(api.MaxSerial - 2); s != api.MaxSerial || e != api.OK {
+		t.Error(s, e)
+	}
+	if s, e := (*serial.Table)(nil).Next(4); s != 0 || e != api.ErrNil {
+		t.Error(s, e)
+	}
+}

@@ -213,3 +213,32 @@ func TestRun(t *testing.T) { // P29.2, P29.3
 		t.Error(e)
 	}
 }
+
+func TestWaiting(t *testing.T) { // P29.1: what waits in the row is somebody's
+	broken(t, func(w *world) {
+		w.do(api.Call{Op: api.OpUnlink, Key: 3, Ring: 1})
+		if w.Rcu().Len() == 0 {
+			t.Error("nothing waits")
+		}
+	})
+	broken(t, func(w *world) {
+		w.do(api.Call{Op: api.OpUnlink, Key: 3, Ring: 1})
+		for w.Rcu().Ripe() {
+			w.Rcu().Next()
+		}
+	}, rule(api.RuleUsed, 0, 0), rule(api.RuleUsed, 0, 1), rule(api.RuleUsed, 0, 2))
+	broken(t, func(w *world) {
+		w.Rcu().Retire(api.Retired{Records: []api.Handle{{Index: 19, Gen: 4}}, Nodes: []api.Handle{{Index: 80, Gen: 4}}, Extents: []api.Handle{{Index: 80, Gen: 4}}})
+	}, rule(api.RuleUsed, 0, 0), rule(api.RuleUsed, 0, 1), rule(api.RuleUsed, 0, 2))
+}
+
+func TestTypesThatAreNone(t *testing.T) { // P29.1
+	broken(t, func(w *world) {
+		h, _ := w.Book().Prepare()
+		w.Book().Publish(h, api.Record{Serial: 9, Index: api.Index{Type: 9, Desc: "x"}, UID: 7, Refs: 1})
+		w.Creds().Put(1, api.SpecUser, 9)
+		w.Quota().Charge(7, 1, 0)
+	}, rule(api.RuleDead, 9, 0))
+	broken(t, func(w *world) { w.set(3, func(r *api.Record) { r.UID = -1 }) }, rule(api.RuleDead, 3, 0), rule(api.RuleAccount, 0, 1))
+	broken(t, func(w *world) { w.set(3, func(r *api.Record) { r.UID = 15 }) }, rule(api.RuleAccount, 0, 1), rule(api.RuleAccount, 0, 15))
+}

@@ -699,3 +699,45 @@ func TestFollows(t *testing.T) { // P20.7
 		}
 	}
 }
+
+func TestNamedKeys(t *testing.T) { // P20.4: who is named has to be in the book
+	v := fresh(t)
+	r := install(t, v, api.SpecThread, 0)
+	k := add(t, v, r, index(api.TypeUser, "k"), "kk", 1)
+	type names struct{ key, ring, to bool }
+	for kind, n := range map[api.DeedKind]names{
+		api.DeedAdd: {ring: true}, api.DeedUpdate: {key: true}, api.DeedLink: {key: true, ring: true}, api.DeedUnlink: {key: true, ring: true}, api.DeedMove: {true, true, true}, api.DeedClear: {ring: true}, api.DeedPerm: {key: true},
+		api.DeedOwner: {key: true}, api.DeedExpiry: {key: true}, api.DeedRevoke: {key: true}, api.DeedInvalidate: {key: true}, api.DeedRestrict: {key: true}, api.DeedSweep: {key: true, ring: true},
+	} {
+		for i, missing := range []bool{n.key, n.ring, n.to} {
+			d := api.Deed{Kind: kind, Key: k, Ring: r, To: r}
+			*[]*api.Serial{&d.Key, &d.Ring, &d.To}[i] = 99
+			if !missing {
+				continue
+			}
+			was := v.Copy()
+			if n, e := v.Do(0, d); n != 0 || e != api.ErrNone || !v.Same(was) {
+				t.Error(kind, i, n, e)
+			}
+		}
+	}
+}
+
+func TestLeastAndMost(t *testing.T) { // P20.1, P20.6
+	c := api.Config{Creds: []api.Cred{{}}, Keys: 1, Nodes: 1, Extents: 1}
+	v, e := vault.New(c)
+	if e != api.OK || v.Reserve() != 1 {
+		t.Error(e)
+	}
+	c = api.Config{Creds: make([]api.Cred, 8), Keys: 64, Nodes: 512, Extents: 512, Count: api.MaxLimit, Bytes: api.MaxLimit}
+	if w, e := vault.New(c); e != api.OK || w.Reserve() != 64 || len(w.View().Accounts) != 16 {
+		t.Error(e)
+	}
+	for i, f := range []func(c *api.Config){func(c *api.Config) { c.Keys++ }, func(c *api.Config) { c.Nodes++ }, func(c *api.Config) { c.Extents++ }, func(c *api.Config) { c.Count++ }, func(c *api.Config) { c.Bytes++ }, func(c *api.Config) { c.Creds = append(c.Creds, api.Cred{}) }} {
+		d := v.Config()
+		f(&d)
+		if w, _ := vault.New(d); w.Same(v) || v.Same(w) {
+			t.Error(i)
+		}
+	}
+}
