@@ -286,14 +286,14 @@ func TestNothingBesideErrors(t *testing.T) { // P12.1
 		t.Error(s, e)
 	}
 	var l []api.Index
-	for _, d := range []string{"a", "b", "c", "d", "e", "f", "g", "h"} {
-		l = append(l, user(d))
+	y, _, _ := table(t, 400)
+	for i := range 60 {
+		y.Collect()
+		l = append(l, user("k"+strconv.Itoa(i*i%97)), user("k"+strconv.Itoa(i)))
+		y.Put(l[2*i], api.Serial(2*i+1))
+		y.Put(l[2*i+1], api.Serial(2*i+2))
 	}
-	y, _, _ := table(t, 99)
-	for i, d := range []int{3, 1, 4, 6, 0, 7, 2, 5} {
-		y.Put(l[d], api.Serial(i+1))
-	}
-	if y.Nodes() != assoc.Count(l[3], l[1], l[4], l[6], l[0], l[7], l[2], l[5]) {
-		t.Error(y.Nodes())
+	if y.Nodes() != assoc.Count(l...) {
+		t.Error("in whatever order", y.Nodes(), assoc.Count(l...))
 	}
 }

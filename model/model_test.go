@@ -149,6 +149,10 @@ func TestNewDoRequest(t *testing.T) { // P26.1
 			t.Error(i, e)
 		}
 	}
+	c := api.Config{Creds: []api.Cred{{UID: 15, GID: 15, Proc: 7}}, Keys: 64, Nodes: 512, Extents: 512, Count: api.MaxLimit, Bytes: api.MaxLimit}
+	if _, e := model.New(c); e != api.OK {
+		t.Error(e)
+	}
 	w := build(t)
 	s := w.must(0, get(session))
 	k := w.must(0, add(session, user("a"), "xy"))

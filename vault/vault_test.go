@@ -73,8 +73,8 @@ func out(t *testing.T, v *vault.Vault, ring, s api.Serial) api.Edit {
 func do(t *testing.T, v *vault.Vault, task int, d api.Deed) int {
 	t.Helper()
 	n, e := v.Do(task, d)
-	if e != api.OK {
-		t.Fatal(d.Kind, e)
+	if e != api.OK || (n == 0) == (d.Kind == api.DeedAdd || d.Kind == api.DeedInstall) {
+		t.Fatal(d.Kind, n, e)
 	}
 	sound(t, v)
 	return n
