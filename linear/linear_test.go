@@ -77,7 +77,7 @@ func TestExplains(t *testing.T) { // P27.2
 	explains(t, l, nil, nil, -1)
 	h := []api.Done{done(0, 0, 0, 5, 0, ok(4)), done(1, 0, 6, 8, 0, ok(4)), done(2, 1, 1, 9, 0, ok(8)), done(3, 1, 2, 2, 0, no(api.ErrArg)), done(4, 1, 3, 30, 0, no(api.ErrNone))}
 	explains(t, l, h, []int{3, 0, 1, 2, 4}, -1)
-	explains(t, l, h, []int{4, 3, 0, 1, 2}, 1)
+	explains(t, l, h, []int{4, 3, 0, 1, 2}, 0)
 	explains(t, l, h, []int{3, 2, 0, 1, 4}, -1)
 	explains(t, l, h, []int{3, 1, 0, 2, 4}, 1)
 	for _, order := range [][]int{nil, {0, 1, 2, 3}, {0, 1, 2, 3, 3}, {0, 1, 2, 3, 5}, {-1, 0, 1, 2, 3}, {0, 1, 2, 3, 4, 4}} {
@@ -100,6 +100,103 @@ func TestExplains(t *testing.T) { // P27.2
 	}
 	if n, e := linear.Explains(config(), l, append(h, h[0]), nil); n != 0 || e != api.ErrArg {
 		t.Error(n, e)
+	}
+}
+
+func TestExplainsAhead(t *testing.T) { // P27.2: where one stands ahead that is still to come, it may not stand there yet
+	var l []api.Request
+	for range 4 {
+		l = append(l, asks(t, 0, 0, none()))
+	}
+	no := api.Response{Code: api.ErrNone}
+	h := []api.Done{done(0, 0, 0, 4, 0, no), done(1, 0, 5, 8, 0, no)}
+	explains(t, l, h, []int{0, 1}, -1)
+	explains(t, l, h, []int{1, 0}, 0)
+	h[1].Begun = 4
+	explains(t, l, h, []int{1, 0}, -1)
+	h = []api.Done{done(0, 0, 0, 4, 0, no), done(1, 0, 5, 8, 0, no), done(2, 0, 0, 20, 0, no), done(3, 0, 9, 20, 0, no)}
+	for _, x := range []struct {
+		order []int
+		at    int
+	}{
+		{[]int{0, 1, 2, 3}, -1}, {[]int{2, 0, 1, 3}, -1}, {[]int{0, 1, 3, 2}, -1}, {[]int{0, 2, 3, 1}, 2},
+		{[]int{0, 3, 1, 2}, 1}, {[]int{3, 0, 1, 2}, 0}, {[]int{2, 1, 3, 0}, 1}, {[]int{2, 3, 0, 1}, 1}, {[]int{1, 2, 3, 0}, 0},
+	} {
+		explains(t, l, h, x.order, x.at)
+	}
+	h[0].Ended = -1
+	explains(t, l, h, []int{1, 2, 3}, -1)
+	h[1].Response = api.Response{Code: api.ErrAccess}
+	explains(t, l, h, []int{2, 1, 3}, 1)
+	explains(t, l, h, []int{2, 3, 1}, 1)
+}
+
+// ruled is the place at which an order first breaks the rule of who stands ahead, each held against each.
+func ruled(h []api.Done, order []int) int {
+	for at, i := range order {
+		for _, k := range order[at+1:] {
+			if linear.Ahead(h[k], h[i]) {
+				return at
+			}
+		}
+	}
+	return -1
+}
+
+func TestOrdersOfAll(t *testing.T) { // P27.2
+	no := api.Response{Code: api.ErrNone}
+	for seed := range 300 {
+		var l []api.Request
+		var h []api.Done
+		var order []int
+		x := uint64(seed)
+		next := func(n uint64) int {
+			x = x*6364136223846793005 + 1442695040888963407
+			return int(x >> 33 % n)
+		}
+		for i := range 6 {
+			b := next(12)
+			l = append(l, asks(t, 0, 0, none()))
+			h = append(h, done(i, 0, b, b+next(4), 0, no))
+			at := next(uint64(i + 1))
+			order = slices.Insert(order, at, i)
+		}
+		explains(t, l, h, order, ruled(h, order))
+		var first []int
+		for p := range permutations(6) {
+			if ruled(h, p) < 0 {
+				first = slices.Clone(p)
+				break
+			}
+		}
+		if o, is, e := linear.Any(config(), l, h); !is || e != api.OK || !slices.Equal(o, first) {
+			t.Fatal(seed, o, first, is, e)
+		}
+	}
+}
+
+// permutations are all orders of n places, by rising places.
+func permutations(n int) func(yield func([]int) bool) {
+	return func(yield func([]int) bool) {
+		var p []int
+		var goOn func() bool
+		goOn = func() bool {
+			if len(p) == n {
+				return yield(p)
+			}
+			for i := range n {
+				if slices.Contains(p, i) {
+					continue
+				}
+				p = append(p, i)
+				if !goOn() {
+					return false
+				}
+				p = p[:len(p)-1]
+			}
+			return true
+		}
+		goOn()
 	}
 }
 
