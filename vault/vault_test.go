@@ -277,7 +277,7 @@ func TestLookStill(t *testing.T) { // P20.3
 			t.Error("whatever else it says", y)
 		}
 	}
-	for _, x := range []api.Seen{{}, {Kind: 7, Serial: 1, Ver: 3}, {Kind: api.SeenKey, Ver: 3}, {Kind: api.SeenKey, Serial: k, Task: 1}, {Kind: api.SeenCell, Serial: 5}, {Kind: api.SeenCell, Serial: api.SpecUser, Task: 9, Ver: 4}} {
+	for _, x := range []api.Seen{{}, {Kind: 7, Serial: 1, Ver: 3}, {Kind: api.SeenKey, Ver: 3}, {Kind: api.SeenKey, Serial: k, Task: 1}, {Kind: api.SeenCell, Serial: 5}, {Kind: api.SeenCell, Serial: api.SpecUser, Task: 9, Ver: 4}, {Kind: api.SeenCell, Serial: 0, Ver: 1}, {Kind: api.SeenCell, Serial: api.SpecThread - 4, Task: 1, Ver: 4}, {Kind: api.SeenCell, Serial: api.SpecThread, Task: -1, Ver: 4}, {Kind: api.SeenCell, Serial: api.SpecThread, Task: api.MaxTasks, Is: true, Holds: 3, Ver: 4}} {
 		if y := v.Look(x); y != x {
 			t.Error("as it is handed in", x, y)
 		}
@@ -308,6 +308,25 @@ func TestLookStill(t *testing.T) { // P20.3
 	s.Note(api.Seen{Kind: api.SeenKey, Serial: k})
 	if v.Still(s) {
 		t.Error("broken")
+	}
+}
+
+func TestLookOfNoTask(t *testing.T) { // P20.3: a cell of a task that may be is told as it is now, also where there is no such task
+	v := fresh(t)
+	install(t, v, api.SpecThread, 0)
+	for _, spec := range []api.Serial{api.SpecThread, api.SpecProcess, api.SpecSession, api.SpecUser} {
+		for task := v.Creds().Tasks(); task < api.MaxTasks; task++ {
+			x := api.Seen{Kind: api.SeenCell, Serial: spec, Task: task}
+			for _, z := range []api.Seen{x, {Kind: x.Kind, Serial: spec, Task: task, Ver: 1}, {Kind: x.Kind, Serial: spec, Task: task, Is: true, Holds: 1, Ver: 2}, {Kind: x.Kind, Serial: spec, Task: task, Holds: -3, Ver: 9, Life: 9}} {
+				if y := v.Look(z); y != x {
+					t.Error(z, y)
+				}
+			}
+			s := seen.New()
+			if s.Note(api.Seen{Kind: api.SeenCell, Serial: spec, Task: task, Ver: 1}) != api.OK || v.Still(s) {
+				t.Error("a cell that there is not has no version", spec, task)
+			}
+		}
 	}
 }
 
